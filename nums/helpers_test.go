@@ -84,12 +84,6 @@ func at(t *testing.T, what string, r *nums.Reader, at, n int) {
 	}
 }
 
-// roomy is b in an array with 32 bytes of spare room, all of them 0xEE.
-func roomy(b []byte) (whole, view []byte) {
-	whole = append(slices.Clone(b), bytes.Repeat([]byte{0xee}, 32)...)
-	return whole, whole[:len(b)]
-}
-
 // random is a row of numbers that looks like chance and is always the same.
 func random() func() uint64 {
 	s := uint64(0x9e3779b97f4a7c15)

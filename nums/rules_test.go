@@ -8,9 +8,10 @@ import (
 
 	"consistory/api"
 	"consistory/nums"
+	"consistory/samples"
 )
 
-// puts are the ways to put something behind a list; each puts something that fits into 32 bytes.
+// puts are the ways to put something behind a list; each puts something that fits into the spare room of samples.
 func puts() map[string]func(b []byte) []byte {
 	return map[string]func(b []byte) []byte{
 		"PutFixed(1)": func(b []byte) []byte { return nums.PutFixed(b, 1, 1) },
@@ -35,7 +36,7 @@ func spoil(b []byte) {
 func TestPutsShareNothing(t *testing.T) {
 	for name, put := range puts() {
 		for _, text := range []string{"", "a", "abcdefgh"} {
-			whole, b := roomy([]byte(text))
+			whole, b := samples.Roomy([]byte(text))
 			before := slices.Clone(whole)
 			first := put(b)
 			want := slices.Clone(first)
@@ -57,7 +58,7 @@ func TestPutsShareNothing(t *testing.T) {
 
 // R4: the text that is put is neither changed nor shared.
 func TestPutTextShareNothing(t *testing.T) {
-	whole, text := roomy([]byte("some text"))
+	whole, text := samples.Roomy([]byte("some text"))
 	before := slices.Clone(whole)
 	got := nums.PutText(nil, text)
 	want := slices.Clone(got)
@@ -74,7 +75,7 @@ func TestPutTextShareNothing(t *testing.T) {
 
 // R4: a reader has bytes of its own, and leaves those that were handed in.
 func TestReaderKeepsNothing(t *testing.T) {
-	whole, b := roomy([]byte{0x12, 0x34, 0xac, 0x02, 0x05, 2, 'a', 'b', 7})
+	whole, b := samples.Roomy([]byte{0x12, 0x34, 0xac, 0x02, 0x05, 2, 'a', 'b', 7})
 	before := slices.Clone(whole)
 	r := nums.New(b)
 	spoil(whole)
@@ -101,7 +102,7 @@ func TestReaderKeepsNothing(t *testing.T) {
 
 // R4: texts that are answered share nothing with the reader or each other.
 func TestTextSharesNothing(t *testing.T) {
-	whole, b := roomy([]byte{2, 'a', 'b', 0, 2, 'c', 'd', 1, 'e', 9})
+	whole, b := samples.Roomy([]byte{2, 'a', 'b', 0, 2, 'c', 'd', 1, 'e', 9})
 	before := slices.Clone(whole)
 	r := nums.New(b)
 	var got [][]byte

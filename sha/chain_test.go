@@ -5,13 +5,14 @@ import (
 	"testing"
 
 	"consistory/api"
+	"consistory/samples"
 	"consistory/sha"
 )
 
 // P2.2: the digest is taken n times.
 func TestChain(t *testing.T) {
 	r := chance()
-	for _, h := range []api.Hash{{}, sha.Sum(nil), anyHash(r), anyHash(r)} {
+	for _, h := range []api.Hash{{}, sha.Sum(nil), samples.Hash(r), samples.Hash(r)} {
 		want := h
 		for n := range 70 {
 			if got := sha.Chain(h, n); got != want {
@@ -24,7 +25,7 @@ func TestChain(t *testing.T) {
 
 // P2.2: of n below 1 it is h itself.
 func TestChainBelowOne(t *testing.T) {
-	h := anyHash(chance())
+	h := samples.Hash(chance())
 	for _, n := range []int{0, -1, -2, -4096, -4097, math.MinInt32, math.MinInt + 1, math.MinInt} {
 		if got := sha.Chain(h, n); got != h {
 			t.Errorf("%d times: %x; want %x", n, got, h)
@@ -34,7 +35,7 @@ func TestChainBelowOne(t *testing.T) {
 
 // P2.2: the digest is taken no more than 4096 times.
 func TestChainBeyond(t *testing.T) {
-	h := anyHash(chance())
+	h := samples.Hash(chance())
 	want := h
 	for range 4095 {
 		want = reference(want[:])
@@ -53,7 +54,7 @@ func TestChainBeyond(t *testing.T) {
 // P2.3: Chain of Chain is Chain of the sum, up to 4096.
 func TestChainOfChain(t *testing.T) {
 	r := chance()
-	h := anyHash(r)
+	h := samples.Hash(r)
 	check := func(m, n int) {
 		t.Helper()
 		if got, want := sha.Chain(sha.Chain(h, m), n), sha.Chain(h, m+n); got != want {

@@ -5,7 +5,6 @@ import (
 	"crypto/sha256"
 	"encoding/hex"
 	"math/rand/v2"
-	"slices"
 
 	"consistory/api"
 )
@@ -28,24 +27,4 @@ func hexed(h api.Hash) string {
 // chance is a source of numbers that is always the same.
 func chance() *rand.Rand {
 	return rand.New(rand.NewPCG(2, 256))
-}
-
-// anyText is a text of n bytes.
-func anyText(r *rand.Rand, n int) []byte {
-	b := make([]byte, n)
-	for i := range b {
-		b[i] = byte(r.Uint32())
-	}
-	return b
-}
-
-// anyHash is a digest of any bytes.
-func anyHash(r *rand.Rand) api.Hash {
-	return api.Hash(anyText(r, len(api.Hash{})))
-}
-
-// roomy is b in an array that has spare room behind it.
-func roomy(b []byte) (whole, view []byte) {
-	whole = append(slices.Clone(b), bytes.Repeat([]byte{0xee}, 160)...)
-	return whole, whole[:len(b)]
 }

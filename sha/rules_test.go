@@ -8,6 +8,7 @@ import (
 	"testing"
 
 	"consistory/api"
+	"consistory/samples"
 	"consistory/sha"
 )
 
@@ -15,7 +16,7 @@ import (
 func TestHandedInStays(t *testing.T) {
 	r := chance()
 	for _, n := range edges() {
-		whole, text := roomy(anyText(r, n))
+		whole, text := samples.Roomy(samples.Text(r, n))
 		before := slices.Clone(whole)
 		sha.Sum(text)
 		sha.All([][]byte{text, text})
@@ -23,7 +24,7 @@ func TestHandedInStays(t *testing.T) {
 			t.Errorf("a text of %d bytes is changed", n)
 		}
 	}
-	a, b := anyHash(r), anyHash(r)
+	a, b := samples.Hash(r), samples.Hash(r)
 	x, y := a, b
 	sha.Pair(a, b)
 	sha.Chain(a, 3)
@@ -66,7 +67,7 @@ func TestSameAgain(t *testing.T) {
 	texts := make([][]byte, 50)
 	want := make([]api.Hash, len(texts))
 	for i := range texts {
-		texts[i] = anyText(r, 7*i)
+		texts[i] = samples.Text(r, 7*i)
 		want[i] = reference(texts[i])
 	}
 	var w sync.WaitGroup
@@ -82,7 +83,7 @@ func TestSameAgain(t *testing.T) {
 	w.Wait()
 	for i, text := range slices.Backward(texts) {
 		// A text that is told from within a greater one is the same text.
-		whole, view := roomy(text)
+		whole, view := samples.Roomy(text)
 		if sha.Sum(view) != want[i] || sha.Sum(slices.Clip(whole[:len(text)])) != want[i] {
 			t.Errorf("text %d hangs on what is behind it", i)
 		}
@@ -94,7 +95,7 @@ func TestNeverPanics(t *testing.T) {
 	r := chance()
 	ints := []int{math.MinInt, -1, 0, 1, 4095, 4096, 4097, math.MaxInt}
 	for i := range 300 {
-		text := anyText(r, r.IntN(200))
+		text := samples.Text(r, r.IntN(200))
 		l := make([][]byte, r.IntN(9))
 		for j := range l {
 			l[j] = text[r.IntN(len(text)+1):]

@@ -6,6 +6,7 @@ import (
 	"testing"
 
 	"consistory/api"
+	"consistory/samples"
 	"consistory/sha"
 )
 
@@ -46,10 +47,10 @@ func TestSumLengths(t *testing.T) {
 	for n := range 330 {
 		check(make([]byte, n))
 		check(bytes.Repeat([]byte{0xff}, n))
-		check(anyText(r, n))
+		check(samples.Text(r, n))
 	}
 	for _, n := range []int{1000, 1 << 12, 8191, 8192, api.MaxText - 9, api.MaxText, api.MaxText + 1, 1<<21 - 1, 1 << 21, 1<<21 + 1} {
-		check(anyText(r, n))
+		check(samples.Text(r, n))
 	}
 }
 
@@ -96,7 +97,7 @@ func TestPair(t *testing.T) {
 		t.Errorf("of noughts: %x; want %x", got, want)
 	}
 	for range 200 {
-		a, b := anyHash(r), anyHash(r)
+		a, b := samples.Hash(r), samples.Hash(r)
 		if got, want := sha.Pair(a, b), reference(a[:], b[:]); got != want {
 			t.Errorf("of %x, %x: %x; want %x", a, b, got, want)
 		}
@@ -138,7 +139,7 @@ func TestAllEdges(t *testing.T) {
 			var l [][]byte
 			var told []byte
 			for len(told) < n {
-				text := anyText(r, r.IntN(min(n-len(told), 100)))
+				text := samples.Text(r, r.IntN(min(n-len(told), 100)))
 				l = append(l, text)
 				told = append(append(told, byte(len(text))), text...)
 			}
@@ -147,7 +148,7 @@ func TestAllEdges(t *testing.T) {
 			}
 		}
 	}
-	long := anyText(r, api.MaxText)
+	long := samples.Text(r, api.MaxText)
 	if got, want := sha.All([][]byte{long, long}), reference([]byte{0x80, 0x80, 4}, long, []byte{0x80, 0x80, 4}, long); got != want {
 		t.Errorf("of long texts: %x; want %x", got, want)
 	}

@@ -1,0 +1,38 @@
+package samples_test
+
+import (
+	"bytes"
+	"math/rand/v2"
+	"testing"
+
+	"consistory/api"
+	"consistory/samples"
+)
+
+// A text has as many bytes as are asked for, and is the same again from the same source.
+func TestText(t *testing.T) {
+	a, b := rand.New(rand.NewPCG(1, 2)), rand.New(rand.NewPCG(1, 2))
+	for n := range 40 {
+		x, y := samples.Text(a, n), samples.Text(b, n)
+		if len(x) != n || !bytes.Equal(x, y) {
+			t.Errorf("%d bytes: %x and %x", n, x, y)
+		}
+	}
+	if h := samples.Hash(a); h != samples.Hash(b) || h == (api.Hash{}) {
+		t.Errorf("a digest: %x", h)
+	}
+}
+
+// A view shares its array with the whole, which has room behind it.
+func TestRoomy(t *testing.T) {
+	for _, b := range [][]byte{nil, {1}, {1, 2, 3}} {
+		whole, view := samples.Roomy(b)
+		if !bytes.Equal(view, b) || len(whole) <= len(b) || cap(view) < len(whole) {
+			t.Errorf("%x: %x of %x", b, view, whole)
+		}
+		view = append(view, 5)
+		if whole[len(b)] != 5 || !bytes.Equal(view[:len(b)], b) {
+			t.Errorf("%x: what is put behind the view isn't in the whole", b)
+		}
+	}
+}
