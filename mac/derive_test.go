@@ -15,8 +15,8 @@ import (
 func TestDerive(t *testing.T) {
 	r := chance()
 	for _, master := range []api.Hash{{}, samples.Hash(r), samples.Hash(r)} {
-		for _, who := range numberEdges() {
-			for _, use := range numberEdges() {
+		for _, who := range samples.Numbers() {
+			for _, use := range samples.Numbers() {
 				if got, want := mac.Derive(master, who, use), derived(master, who, use); !bytes.Equal(got, want) {
 					t.Errorf("of %x for %d and %d: %x; want %x", master, who, use, got, want)
 				}
@@ -49,13 +49,13 @@ func TestDeriveTells(t *testing.T) {
 	seen := map[api.Hash]bool{}
 	masters := []api.Hash{{}, {31: 1}, {0: 1}, samples.Hash(r)}
 	for _, master := range masters {
-		for _, who := range numberEdges() {
-			for _, use := range numberEdges() {
+		for _, who := range samples.Numbers() {
+			for _, use := range samples.Numbers() {
 				seen[api.Hash(mac.Derive(master, who, use))] = true
 			}
 		}
 	}
-	if n := len(masters) * len(numberEdges()) * len(numberEdges()); len(seen) != n {
+	if n := len(masters) * len(samples.Numbers()) * len(samples.Numbers()); len(seen) != n {
 		t.Errorf("%d keys of %d are unlike", len(seen), n)
 	}
 }

@@ -5,7 +5,6 @@ import (
 	"crypto/sha256"
 	"encoding/binary"
 	"encoding/hex"
-	"math"
 	"math/rand/v2"
 	"slices"
 
@@ -21,15 +20,6 @@ func keyEdges() []int {
 // textEdges are lengths of texts on both sides of each at which the digests' last blocks change.
 func textEdges() []int {
 	return []int{0, 1, 32, 54, 55, 56, 57, 63, 64, 65, 119, 120, 128, 300}
-}
-
-// numberEdges are numbers of which the bytes are of all sorts.
-func numberEdges() []int {
-	return []int{
-		0, 1, 2, 15, 127, 128, 255, 256, 1 << 16, math.MaxInt32, math.MaxInt32 + 1, math.MaxUint32, 1 << 32,
-		0x0102030405060708, math.MaxInt - 1, math.MaxInt,
-		-1, -2, -128, -129, -256, -257, math.MinInt32, math.MinInt32 - 1, math.MinInt + 1, math.MinInt,
-	}
 }
 
 // reference is the library's tag of text by the key.

@@ -56,9 +56,7 @@ func TestAnswersAreNew(t *testing.T) {
 	for i := range tags[:cap(tags)] {
 		tags[:cap(tags)][i] = api.Hash{1}
 	}
-	for i := range key[:cap(key)] {
-		key[:cap(key)][i] = 0xcc
-	}
+	samples.Spoil(key)
 	again := mac.Vector(keys, text)
 	for i, k := range keys {
 		if want := reference(k, text); others[i] != want || again[i] != want {
@@ -138,7 +136,7 @@ func TestKeyWithinText(t *testing.T) {
 // R1: every call ends and none panics, at all arguments.
 func TestNeverPanics(t *testing.T) {
 	r := chance()
-	numbers := numberEdges()
+	numbers := samples.Numbers()
 	for range 300 {
 		keys := make([][]byte, r.IntN(9))
 		for i := range keys {

@@ -24,14 +24,6 @@ func puts() map[string]func(b []byte) []byte {
 	}
 }
 
-// spoil writes over all that a list has, spare room included.
-func spoil(b []byte) {
-	b = b[:cap(b)]
-	for i := range b {
-		b[i] ^= 0x55
-	}
-}
-
 // R4: what is handed in isn't changed, spare room included, and not shared.
 func TestPutsShareNothing(t *testing.T) {
 	for name, put := range puts() {
@@ -44,11 +36,11 @@ func TestPutsShareNothing(t *testing.T) {
 			if !bytes.Equal(whole, before) {
 				t.Errorf("%s changed what was handed in", name)
 			}
-			spoil(second)
+			samples.Spoil(second)
 			if !bytes.Equal(whole, before) {
 				t.Errorf("%s shares its answer with what was handed in", name)
 			}
-			spoil(whole)
+			samples.Spoil(whole)
 			if !bytes.Equal(first, want) {
 				t.Errorf("%s shares one answer with another, or with what was handed in", name)
 			}
@@ -62,12 +54,12 @@ func TestPutTextShareNothing(t *testing.T) {
 	before := slices.Clone(whole)
 	got := nums.PutText(nil, text)
 	want := slices.Clone(got)
-	spoil(whole)
+	samples.Spoil(whole)
 	if !bytes.Equal(got, want) {
 		t.Error("the answer shares the text")
 	}
-	spoil(whole)
-	spoil(got)
+	samples.Spoil(whole)
+	samples.Spoil(got)
 	if !bytes.Equal(whole, before) {
 		t.Error("the text shares the answer")
 	}
@@ -78,7 +70,7 @@ func TestReaderKeepsNothing(t *testing.T) {
 	whole, b := samples.Roomy([]byte{0x12, 0x34, 0xac, 0x02, 0x05, 2, 'a', 'b', 7})
 	before := slices.Clone(whole)
 	r := nums.New(b)
-	spoil(whole)
+	samples.Spoil(whole)
 	if x, e := r.Fixed(2); x != 0x1234 || e != api.OK {
 		t.Error("Fixed:", x, e)
 	}
@@ -94,7 +86,7 @@ func TestReaderKeepsNothing(t *testing.T) {
 	if n, e := r.Count(7); n != 7 || e != api.OK {
 		t.Error("Count:", n, e)
 	}
-	spoil(whole)
+	samples.Spoil(whole)
 	if !bytes.Equal(whole, before) {
 		t.Error("the reader changed what was handed in")
 	}
@@ -113,7 +105,7 @@ func TestTextSharesNothing(t *testing.T) {
 		}
 		got = append(got, slices.Clone(s))
 		// Whoever writes into what was answered, spare room included, spoils no later answer.
-		spoil(s)
+		samples.Spoil(s)
 		s = append(s, "XXXXXXXXXXXXXXXX"...)
 	}
 	if !bytes.Equal(bytes.Join(got, []byte("|")), []byte("ab||cd|e")) {

@@ -2,6 +2,7 @@
 package samples
 
 import (
+	"math"
 	"slices"
 
 	"consistory/api"
@@ -36,4 +37,23 @@ func Hash(s Source) api.Hash {
 func Roomy(b []byte) (whole, view []byte) {
 	whole = append(slices.Clone(b), slices.Repeat([]byte{unasked}, room)...)
 	return whole, whole[:len(b)]
+}
+
+// Spoil writes over all that a list has, spare room included, by which a test
+// sees who else has that memory.
+func Spoil(b []byte) {
+	b = b[:cap(b)]
+	for i := range b {
+		b[i] ^= 0x55
+	}
+}
+
+// Numbers are numbers of which the bytes are of all sorts, those at the ends of
+// what so and so many bytes can tell among them.
+func Numbers() []int {
+	return []int{
+		0, 1, 2, 15, 127, 128, 255, 256, 1 << 16, math.MaxInt32, math.MaxInt32 + 1, math.MaxUint32, 1 << 32,
+		0x0102030405060708, math.MaxInt - 1, math.MaxInt,
+		-1, -2, -128, -129, -256, -257, math.MinInt32, math.MinInt32 - 1, math.MinInt + 1, math.MinInt,
+	}
 }

@@ -36,3 +36,36 @@ func TestRoomy(t *testing.T) {
 		}
 	}
 }
+
+// Spoiling changes each byte, those of the spare room too; done twice it is as if never done.
+func TestSpoil(t *testing.T) {
+	whole, view := samples.Roomy([]byte{1, 2, 3})
+	before := bytes.Clone(whole)
+	samples.Spoil(view)
+	for i := range whole {
+		if whole[i] == before[i] {
+			t.Errorf("byte %d is as it was", i)
+		}
+	}
+	samples.Spoil(view)
+	if !bytes.Equal(whole, before) {
+		t.Errorf("%x; want %x", whole, before)
+	}
+	samples.Spoil(nil)
+}
+
+// No number is there twice, and one that is handed out is nobody else's.
+func TestNumbers(t *testing.T) {
+	l := samples.Numbers()
+	seen := map[int]bool{}
+	for i, n := range l {
+		if seen[n] {
+			t.Errorf("%d is there twice", n)
+		}
+		seen[n] = true
+		l[i] = 7
+	}
+	if again := samples.Numbers(); len(again) != len(seen) || again[0] == 7 || !seen[0] || !seen[-1] {
+		t.Error("the numbers are others:", again)
+	}
+}
