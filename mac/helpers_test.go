@@ -48,10 +48,7 @@ func chance() *rand.Rand {
 
 // anyKeys are keys of the lengths at which they are taken otherwise, in any order.
 func anyKeys(r *rand.Rand) [][]byte {
-	var keys [][]byte
-	for _, n := range keyEdges() {
-		keys = append(keys, samples.Text(r, n))
-	}
+	keys := samples.Texts(r, keyEdges()...)
 	r.Shuffle(len(keys), func(i, j int) { keys[i], keys[j] = keys[j], keys[i] })
 	return keys
 }

@@ -116,7 +116,7 @@ func TestDigitsBelow(t *testing.T) {
 			t.Errorf("of %x and %x: %v and %v", a, b, x, y)
 		}
 	}
-	all := seedsOf(r)[1]
+	all := samples.Hashes(r)[1]
 	check(api.Hash{}, all)
 	for range 300 {
 		h := samples.Hash(r)

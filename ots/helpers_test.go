@@ -88,22 +88,9 @@ func recoveredOf(text, sig []byte) api.Hash {
 	return sha256.Sum256(ends)
 }
 
-// seedsOf are seeds of which the bytes are of all sorts.
-func seedsOf(r *rand.Rand) []api.Hash {
-	var full api.Hash
-	for i := range full {
-		full[i] = 0xff
-	}
-	return []api.Hash{{}, full, {0: 1}, {31: 1}, samples.Hash(r), samples.Hash(r)}
-}
-
 // textsOf are texts, from none on, of lengths on both sides of a block's end.
 func textsOf(r *rand.Rand) [][]byte {
-	var l [][]byte
-	for _, n := range []int{0, 1, 4, 16, 32, 55, 56, 63, 64, 65, 200, 560, api.MaxText} {
-		l = append(l, samples.Text(r, n))
-	}
-	return l
+	return samples.Texts(r, 0, 1, 4, 16, 32, 55, 56, 63, 64, 65, 200, 560, api.MaxText)
 }
 
 // fingerprint is the digest of b as text.

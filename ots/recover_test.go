@@ -15,7 +15,7 @@ import (
 func TestRecoverOfSign(t *testing.T) {
 	r := chance()
 	texts := textsOf(r)
-	for i, seed := range seedsOf(r) {
+	for i, seed := range samples.Hashes(r) {
 		for j, index := range samples.Numbers() {
 			text := texts[(i+j)%len(texts)]
 			got, e := ots.Recover(text, ots.Sign(seed, index, text))

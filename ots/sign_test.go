@@ -53,7 +53,7 @@ func TestKnown(t *testing.T) {
 
 // P4.1: of any seed and index the public key is the library's.
 func TestPublic(t *testing.T) {
-	for _, seed := range seedsOf(chance()) {
+	for _, seed := range samples.Hashes(chance()) {
 		for _, index := range samples.Numbers() {
 			if got, want := ots.Public(seed, index), publicOf(seed, index); got != want {
 				t.Errorf("of %x, %d: %x; want %x", seed, index, got, want)
@@ -83,7 +83,7 @@ func TestPublicTells(t *testing.T) {
 func TestSign(t *testing.T) {
 	r := chance()
 	numbers := samples.Numbers()
-	for i, seed := range seedsOf(r) {
+	for i, seed := range samples.Hashes(r) {
 		for j, text := range textsOf(r) {
 			index := numbers[(i+5*j)%len(numbers)]
 			if got, want := ots.Sign(seed, index, text), signedBy(seed, index, text); !bytes.Equal(got, want) {

@@ -32,6 +32,25 @@ func Hash(s Source) api.Hash {
 	return api.Hash(Text(s, len(api.Hash{})))
 }
 
+// Texts are texts of the source's bytes, one of each length.
+func Texts(s Source, lengths ...int) [][]byte {
+	l := make([][]byte, len(lengths))
+	for i, n := range lengths {
+		l[i] = Text(s, n)
+	}
+	return l
+}
+
+// Hashes are digests of which the bytes are of all sorts: noughts, ones, both,
+// and the source's.
+func Hashes(s Source) []api.Hash {
+	var full api.Hash
+	for i := range full {
+		full[i] = 0xff
+	}
+	return []api.Hash{{}, full, {0: 1}, {31: 1}, Hash(s), Hash(s)}
+}
+
 // Roomy is a view of b in an array with spare room, and the whole array, by
 // which a test sees whether somebody wrote into the room.
 func Roomy(b []byte) (whole, view []byte) {

@@ -23,6 +23,32 @@ func TestText(t *testing.T) {
 	}
 }
 
+// Of each length there is a text, in order, and none is another's memory.
+func TestTexts(t *testing.T) {
+	r := rand.New(rand.NewPCG(1, 2))
+	l := samples.Texts(r, 3, 0, 40, 40)
+	for i, n := range []int{3, 0, 40, 40} {
+		if len(l) != 4 || len(l[i]) != n {
+			t.Fatalf("%x", l)
+		}
+	}
+	if bytes.Equal(l[2], l[3]) || len(samples.Texts(r)) != 0 {
+		t.Errorf("%x", l)
+	}
+}
+
+// No digest is there twice; the noughts and the ones stand ahead.
+func TestHashes(t *testing.T) {
+	l := samples.Hashes(rand.New(rand.NewPCG(1, 2)))
+	seen := map[api.Hash]bool{}
+	for _, h := range l {
+		seen[h] = true
+	}
+	if len(seen) != len(l) || l[0] != (api.Hash{}) || !bytes.Equal(l[1][:], bytes.Repeat([]byte{0xff}, 32)) {
+		t.Errorf("%x", l)
+	}
+}
+
 // A view shares its array with the whole, which has room behind it.
 func TestRoomy(t *testing.T) {
 	for _, b := range [][]byte{nil, {1}, {1, 2, 3}} {
