@@ -140,7 +140,7 @@ func TestGetBatchNumber(t *testing.T) {
 	refusedBatch(t, "five", bytesOfBatch([]api.Req{put(1, 1), put(2, 1), put(3, 1), put(4, 1), put(5, 1)}), api.ErrRange)
 	refusedBatch(t, "five, and nothing behind", []byte{5}, api.ErrRange)
 	refusedBatch(t, "2^64 - 1", append(bytes.Repeat([]byte{0xff}, 9), 1), api.ErrRange)
-	refusedBatch(t, "one, told by two bytes", append([]byte{0x81, 0}, lengthAnd(one)...), api.ErrForm)
+	refusedBatch(t, "one, told by two bytes", append([]byte{0x81, 0}, samples.LengthAnd(one)...), api.ErrForm)
 	refusedBatch(t, "a number cut off", []byte{0x81}, api.ErrShort)
 	refusedBatch(t, "nil", nil, api.ErrShort)
 	refusedBatch(t, "nothing", []byte{}, api.ErrShort)
@@ -197,7 +197,7 @@ func TestGetBatchInOrder(t *testing.T) {
 		want api.Errno
 	}{
 		{nil, api.ErrShort},
-		{lengthAnd(text), api.ErrShort},
+		{samples.LengthAnd(text), api.ErrShort},
 		{append(bytesOf(put(1, 1)), 0), api.ErrForm},
 		{oneOf(append(slices.Clone(text), 0), nil), api.ErrForm},
 		{oneOf(text, make([]byte, 1001)), api.ErrRange},

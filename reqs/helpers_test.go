@@ -36,14 +36,9 @@ func textOf(r api.Req) []byte {
 	return binary.AppendVarint(b, r.Op.B)
 }
 
-// lengthAnd is b with its length ahead.
-func lengthAnd(b []byte) []byte {
-	return append(binary.AppendUvarint(nil, uint64(len(b))), b...)
-}
-
 // oneOf are the bytes of a request with that text and that signature.
 func oneOf(text, sig []byte) []byte {
-	return slices.Concat(lengthAnd(text), lengthAnd(sig))
+	return slices.Concat(samples.LengthAnd(text), samples.LengthAnd(sig))
 }
 
 // bytesOf are r's bytes, whether or not it is formed.
@@ -55,7 +50,7 @@ func bytesOf(r api.Req) []byte {
 func batchOf(n uint64, each ...[]byte) []byte {
 	b := binary.AppendUvarint(nil, n)
 	for _, one := range each {
-		b = append(b, lengthAnd(one)...)
+		b = append(b, samples.LengthAnd(one)...)
 	}
 	return b
 }

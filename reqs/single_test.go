@@ -132,8 +132,8 @@ func TestGetBounds(t *testing.T) {
 	refusedGet(t, "100 bytes of text", oneOf(append(slices.Clone(text), make([]byte, 94)...), nil), api.ErrForm)
 	refusedGet(t, "2^64 - 1 bytes of text", append(bytes.Repeat([]byte{0xff}, 9), 1), api.ErrRange)
 	refusedGet(t, "1001 bytes of signature", oneOf(text, make([]byte, 1001)), api.ErrRange)
-	refusedGet(t, "1001 bytes of signature, and none of them", append(lengthAnd(text), 0xe9, 7), api.ErrRange)
-	refusedGet(t, "1000 bytes of signature, and none of them", append(lengthAnd(text), 0xe8, 7), api.ErrShort)
+	refusedGet(t, "1001 bytes of signature, and none of them", append(samples.LengthAnd(text), 0xe9, 7), api.ErrRange)
+	refusedGet(t, "1000 bytes of signature, and none of them", append(samples.LengthAnd(text), 0xe8, 7), api.ErrShort)
 	refusedGet(t, "1000 bytes of signature, and 999 of them", oneOf(text, make([]byte, 1000))[:len(text)+2+1000], api.ErrShort)
 	if r, e := reqs.Get(oneOf(text, make([]byte, 1000))); e != api.OK || len(r.Sig) != 1000 {
 		t.Errorf("1000 bytes of signature: %v, %v", r, e)
@@ -165,21 +165,21 @@ func TestGetWithinText(t *testing.T) {
 	}
 	for what, tail := range tails {
 		for n := range text {
-			refusedGet(t, "a text cut, behind it "+what, append(lengthAnd(text[:n]), tail...), api.ErrShort)
+			refusedGet(t, "a text cut, behind it "+what, append(samples.LengthAnd(text[:n]), tail...), api.ErrShort)
 		}
 		for _, n := range []int{1, 2, 80} {
 			longer := append(slices.Clone(text), make([]byte, n)...)
-			refusedGet(t, "bytes left in a text, behind it "+what, append(lengthAnd(longer), tail...), api.ErrForm)
+			refusedGet(t, "bytes left in a text, behind it "+what, append(samples.LengthAnd(longer), tail...), api.ErrForm)
 		}
 		long := []byte{1, 2, 2, 3, 0x8a, 0, 0}
-		refusedGet(t, "a long number in a text, behind it "+what, append(lengthAnd(long), tail...), api.ErrForm)
+		refusedGet(t, "a long number in a text, behind it "+what, append(samples.LengthAnd(long), tail...), api.ErrForm)
 	}
 }
 
 // P7.1: what is wrong with the signature is met ahead of whether what is told is formed.
 func TestGetSignatureFirst(t *testing.T) {
 	for _, r := range []api.Req{put(6, 1), put(1, 9), {Client: 1, Seq: 1, Op: api.Op{Kind: api.KGet, A: 1}}} {
-		text := lengthAnd(textOf(r))
+		text := samples.LengthAnd(textOf(r))
 		refusedGet(t, "no signature", text, api.ErrShort)
 		refusedGet(t, "a short one", append(slices.Clone(text), 3, 1, 2), api.ErrShort)
 		refusedGet(t, "a long one", oneOf(textOf(r), make([]byte, 1001)), api.ErrRange)

@@ -41,6 +41,17 @@ func Texts(s Source, lengths ...int) [][]byte {
 	return l
 }
 
+// LengthAnd is b with its length ahead, as a text is told: seven bits a byte,
+// the lowest first. It calls no layer, so that it can be held against them.
+func LengthAnd(b []byte) []byte {
+	var l []byte
+	n := len(b)
+	for ; n >= 128; n >>= 7 {
+		l = append(l, byte(n)|128)
+	}
+	return append(append(l, byte(n)), b...)
+}
+
 // Hashes are digests of which the bytes are of all sorts: noughts, ones, both,
 // and the source's.
 func Hashes(s Source) []api.Hash {

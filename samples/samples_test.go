@@ -2,6 +2,7 @@ package samples_test
 
 import (
 	"bytes"
+	"encoding/binary"
 	"math/rand/v2"
 	"testing"
 
@@ -34,6 +35,19 @@ func TestTexts(t *testing.T) {
 	}
 	if bytes.Equal(l[2], l[3]) || len(samples.Texts(r)) != 0 {
 		t.Errorf("%x", l)
+	}
+}
+
+// Ahead of the bytes stands what the library makes of their length.
+func TestLengthAnd(t *testing.T) {
+	r := rand.New(rand.NewPCG(1, 2))
+	for _, n := range []int{0, 1, 2, 100, 127, 128, 129, 255, 256, 1000, 16383, 16384, 65535, 65536, 1<<21 - 1, 1 << 21} {
+		b := samples.Text(r, n)
+		before := bytes.Clone(b)
+		want := append(binary.AppendUvarint(nil, uint64(n)), b...)
+		if got := samples.LengthAnd(b); !bytes.Equal(got, want) || !bytes.Equal(b, before) {
+			t.Errorf("%d bytes begin with % x", n, got[:min(len(got), 5)])
+		}
 	}
 }
 
