@@ -2,6 +2,7 @@
 package samples
 
 import (
+	"bytes"
 	"math"
 	"slices"
 
@@ -11,6 +12,7 @@ import (
 const (
 	room    = 256  // bytes of spare room
 	unasked = 0xee // each of them: seldom what anyone would put there
+	spare   = 3    // parts of spare room, each nil
 )
 
 // Source gives numbers; whether they come by chance is the caller's.
@@ -65,8 +67,46 @@ func Hashes(s Source) []api.Hash {
 // Roomy is a view of b in an array with spare room, and the whole array, by
 // which a test sees whether somebody wrote into the room.
 func Roomy(b []byte) (whole, view []byte) {
-	whole = append(slices.Clone(b), slices.Repeat([]byte{unasked}, room)...)
+	// An append could leave more room than the whole tells of.
+	whole = make([]byte, len(b)+room)
+	for i := copy(whole, b); i < len(whole); i++ {
+		whole[i] = unasked
+	}
 	return whole, whole[:len(b)]
+}
+
+// RoomyMsg is m with spare room behind its body, its parts and the list of these,
+// and a call that tells whether all of that is still as it was.
+func RoomyMsg(m api.Msg) (view api.Msg, stays func() bool) {
+	var wholes, before [][]byte
+	roomy := func(b []byte) []byte {
+		whole, view := Roomy(b)
+		wholes, before = append(wholes, whole), append(before, slices.Clone(whole))
+		return view
+	}
+	view = m
+	view.Body = roomy(m.Body)
+	list := make([][]byte, len(m.Parts)+spare)
+	for i, part := range m.Parts {
+		list[i] = roomy(part)
+	}
+	view.Parts = list[:len(m.Parts)]
+	return view, func() bool {
+		empty := !slices.ContainsFunc(list[len(m.Parts):], func(part []byte) bool { return part != nil })
+		return empty && slices.EqualFunc(wholes, before, bytes.Equal) && SameMsg(view, m)
+	}
+}
+
+// SameMsg tells whether both messages are one: nothing is one with nil.
+func SameMsg(m, n api.Msg) bool {
+	numbers := m.Kind == n.Kind && m.From == n.From && m.View == n.View && m.Reg == n.Reg && m.Slot == n.Slot
+	return numbers && m.Hash == n.Hash && bytes.Equal(m.Body, n.Body) && slices.EqualFunc(m.Parts, n.Parts, bytes.Equal)
+}
+
+// BriefMsg tells of m what a line has room for: its numbers, and how much of the
+// rest there is.
+func BriefMsg(m api.Msg) []int {
+	return []int{m.Kind, m.From, m.View, m.Reg, m.Slot, len(m.Body), len(m.Parts)}
 }
 
 // Spoil writes over all that a list has, spare room included, by which a test

@@ -4,6 +4,7 @@ import (
 	"bytes"
 	"encoding/binary"
 	"math/rand/v2"
+	"slices"
 	"testing"
 
 	"consistory/api"
@@ -67,12 +68,77 @@ func TestHashes(t *testing.T) {
 func TestRoomy(t *testing.T) {
 	for _, b := range [][]byte{nil, {1}, {1, 2, 3}} {
 		whole, view := samples.Roomy(b)
-		if !bytes.Equal(view, b) || len(whole) <= len(b) || cap(view) < len(whole) {
+		if !bytes.Equal(view, b) || len(whole) <= len(b) || cap(view) != len(whole) || cap(whole) != len(whole) {
 			t.Errorf("%x: %x of %x", b, view, whole)
 		}
 		view = append(view, 5)
 		if whole[len(b)] != 5 || !bytes.Equal(view[:len(b)], b) {
 			t.Errorf("%x: what is put behind the view isn't in the whole", b)
+		}
+	}
+}
+
+// filled is a message with all that one can have.
+func filled() api.Msg {
+	return api.Msg{Kind: 1, From: 2, View: 3, Reg: 4, Slot: 5, Hash: api.Hash{6}, Body: []byte{7, 8}, Parts: [][]byte{{9}, nil, {10, 11}}}
+}
+
+// others are messages each of which is filled but for one thing.
+func others() []api.Msg {
+	l := make([]api.Msg, 11)
+	for i := range l {
+		l[i] = filled()
+	}
+	l[0].Kind, l[1].From, l[2].View, l[3].Reg, l[4].Slot = 2, 3, 4, 5, 6
+	l[5].Hash[31], l[6].Body[1], l[7].Parts[2][0] = 1, 1, 1
+	l[8].Body, l[9].Parts, l[10].Parts[1] = nil, l[9].Parts[:2], []byte{0}
+	return l
+}
+
+// Messages are one if all of them is; what there is nothing of may be nil.
+func TestSameMsg(t *testing.T) {
+	m := filled()
+	m.Parts[1] = []byte{}
+	if !samples.SameMsg(filled(), m) || !samples.SameMsg(api.Msg{}, api.Msg{Body: []byte{}, Parts: [][]byte{}}) {
+		t.Error("one message is two")
+	}
+	for i, m := range others() {
+		if samples.SameMsg(filled(), m) || samples.SameMsg(m, filled()) || !samples.SameMsg(m, m) {
+			t.Errorf("message %d is the filled one, or not its own", i)
+		}
+	}
+	if got := samples.BriefMsg(filled()); !slices.Equal(got, []int{1, 2, 3, 4, 5, 2, 3}) {
+		t.Error(got)
+	}
+}
+
+// A message with room behind it is the same one; each byte that is written, and each part that is changed, is noticed.
+func TestRoomyMsg(t *testing.T) {
+	for _, m := range append(others(), filled(), api.Msg{}) {
+		view, stays := samples.RoomyMsg(m)
+		if !samples.SameMsg(view, m) || !stays() || cap(view.Body) <= len(m.Body) || cap(view.Parts) <= len(m.Parts) {
+			t.Errorf("%v isn't the same", m)
+		}
+		for _, b := range append([][]byte{view.Body}, view.Parts...) {
+			whole := b[:cap(b)]
+			for i := range whole {
+				whole[i]++
+				if stays() {
+					t.Errorf("%v: byte %d is changed, and nobody tells", m, i)
+				}
+				whole[i]--
+			}
+		}
+		list := view.Parts[:cap(view.Parts)]
+		for i, part := range list {
+			list[i] = []byte{1, 2, 3}
+			if stays() {
+				t.Errorf("%v: part %d is changed, and nobody tells", m, i)
+			}
+			list[i] = part
+		}
+		if !stays() {
+			t.Errorf("%v: all is as it was, and it isn't told", m)
 		}
 	}
 }

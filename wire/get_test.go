@@ -14,7 +14,7 @@ import (
 // P8.2: each message that is formed is got.
 func TestGet(t *testing.T) {
 	for _, m := range formedMsgs() {
-		if got, e := wire.Get(bytesOf(m)); e != api.OK || !same(got, m) {
+		if got, e := wire.Get(bytesOf(m)); e != api.OK || !samples.SameMsg(got, m) {
 			t.Errorf("%v is got as %v, %v", brief(m), brief(got), e)
 		}
 	}
@@ -27,7 +27,7 @@ func TestGetNumbers(t *testing.T) {
 			m := changed(vote(), n, x)
 			if x < n.least || x > n.most {
 				refusedGet(t, n.name, bytesOf(m), api.ErrArg)
-			} else if got, e := wire.Get(bytesOf(m)); e != api.OK || !same(got, m) {
+			} else if got, e := wire.Get(bytesOf(m)); e != api.OK || !samples.SameMsg(got, m) {
 				t.Errorf("%s is %d: %v, %v", n.name, x, brief(got), e)
 			}
 		}
@@ -209,14 +209,14 @@ func TestGetOfAnyBytes(t *testing.T) {
 			back, e := wire.Get(b)
 			if e != api.OK {
 				refused++
-				if !same(back, api.Msg{}) {
+				if !samples.SameMsg(back, api.Msg{}) {
 					t.Errorf("%v beside %v", brief(back), e)
 				}
 				continue
 			}
 			got++
 			again, e := wire.Put(back)
-			if e != api.OK || !bytes.Equal(again, b) || same(back, m) {
+			if e != api.OK || !bytes.Equal(again, b) || samples.SameMsg(back, m) {
 				t.Errorf("%v: %d bytes, %v", brief(back), len(again), e)
 			}
 		}

@@ -1,7 +1,6 @@
 package wire_test
 
 import (
-	"bytes"
 	"encoding/binary"
 	"math/rand/v2"
 	"slices"
@@ -185,15 +184,9 @@ func changed(m api.Msg, n number, x int) api.Msg {
 	return m
 }
 
-// same tells whether both messages are one: nothing is one with nil.
-func same(m, n api.Msg) bool {
-	numbers := m.Kind == n.Kind && m.From == n.From && m.View == n.View && m.Reg == n.Reg && m.Slot == n.Slot
-	return numbers && m.Hash == n.Hash && bytes.Equal(m.Body, n.Body) && slices.EqualFunc(m.Parts, n.Parts, bytes.Equal)
-}
-
 // brief tells of m what a line has room for.
 func brief(m api.Msg) []int {
-	return []int{m.Kind, m.From, m.View, m.Reg, m.Slot, len(m.Body), len(m.Parts), len(bytesOf(m))}
+	return append(samples.BriefMsg(m), len(bytesOf(m)))
 }
 
 // refusedPut checks that m isn't put, but tells the error want.
@@ -207,7 +200,7 @@ func refusedPut(t *testing.T, what string, m api.Msg, want api.Errno) {
 // refusedGet checks that b tells no message, but the error want.
 func refusedGet(t *testing.T, what string, b []byte, want api.Errno) {
 	t.Helper()
-	if m, e := wire.Get(b); e != want || !same(m, api.Msg{}) {
+	if m, e := wire.Get(b); e != want || !samples.SameMsg(m, api.Msg{}) {
 		t.Errorf("%s: %d bytes: %v, %v; want %v", what, len(b), brief(m), e, want)
 	}
 }

@@ -30,7 +30,7 @@ func TestPutKnown(t *testing.T) {
 		if got, e := wire.Put(c.m); e != api.OK || !bytes.Equal(got, c.want) {
 			t.Errorf("%v: % x, %v; want % x", brief(c.m), got, e, c.want)
 		}
-		if got, e := wire.Get(c.want); e != api.OK || !same(got, c.m) {
+		if got, e := wire.Get(c.want); e != api.OK || !samples.SameMsg(got, c.m) {
 			t.Errorf("% x: %v, %v; want %v", c.want, brief(got), e, brief(c.m))
 		}
 		if got := wire.Size(c.m); got != len(c.want) {
@@ -143,7 +143,7 @@ func TestSizeBorders(t *testing.T) {
 func TestPutIsGot(t *testing.T) {
 	for _, m := range formedMsgs() {
 		b, _ := wire.Put(m)
-		if got, e := wire.Get(b); e != api.OK || !same(got, m) {
+		if got, e := wire.Get(b); e != api.OK || !samples.SameMsg(got, m) {
 			t.Errorf("%v is got as %v, %v", brief(m), brief(got), e)
 		}
 		if len(b) != wire.Size(m) {

@@ -34,31 +34,14 @@ func TestNilIsNothing(t *testing.T) {
 // R4: a message that is handed in isn't changed, spare room included.
 func TestMessageStays(t *testing.T) {
 	for _, m := range []api.Msg{withBody(20, 3, 0, 150), changed(withBody(20, 3), numbers()[0], 13), withBody(room, 5), withBody(1, make([]int, 17)...)} {
-		before := bytesOf(m)
-		n := m
-		var wholes, copies [][]byte
-		roomy := func(b []byte) []byte {
-			whole, view := samples.Roomy(b)
-			wholes, copies = append(wholes, whole), append(copies, slices.Clone(whole))
-			return view
-		}
-		n.Body = roomy(m.Body)
-		n.Parts = make([][]byte, 0, len(m.Parts)+3)
-		for _, part := range m.Parts {
-			n.Parts = append(n.Parts, roomy(part))
-		}
+		n, stays := samples.RoomyMsg(m)
 		b, e := wire.Put(n)
 		c, f := wire.Put(m)
-		if e != f || !bytes.Equal(b, c) || wire.Size(n) != len(before) {
+		if e != f || !bytes.Equal(b, c) || wire.Size(n) != len(bytesOf(m)) {
 			t.Errorf("%v is another with room behind: %v, %v", brief(m), e, f)
 		}
-		if !slices.EqualFunc(wholes, copies, bytes.Equal) || !bytes.Equal(bytesOf(n), before) {
+		if !stays() {
 			t.Errorf("%v is changed", brief(m))
-		}
-		for _, part := range n.Parts[len(n.Parts):cap(n.Parts)] {
-			if part != nil {
-				t.Errorf("%v: the room behind the parts is changed", brief(m))
-			}
 		}
 	}
 }
@@ -74,7 +57,7 @@ func TestBytesStay(t *testing.T) {
 			t.Errorf("%d bytes are changed", len(b))
 		}
 		n, f := wire.Get(b)
-		if e != f || !same(m, n) {
+		if e != f || !samples.SameMsg(m, n) {
 			t.Errorf("%d bytes are another message with room behind: %v, %v", len(b), e, f)
 		}
 	}
@@ -92,7 +75,7 @@ func TestGotIsNew(t *testing.T) {
 		samples.Spoil(part)
 	}
 	clear(again.Parts[:cap(again.Parts)])
-	if !same(got, m) {
+	if !samples.SameMsg(got, m) {
 		t.Fatal("it changes with the bytes, or a later answer")
 	}
 	samples.Spoil(got.Body)
@@ -135,7 +118,7 @@ func TestSameAgain(t *testing.T) {
 				}
 				refusedGet(t, "cut", want[:len(want)-1], api.ErrShort)
 				refusedGet(t, "not formed", bytesOf(wrong[i%len(wrong)]), api.ErrArg)
-				if got, e := wire.Get(want); e != api.OK || !same(got, m) {
+				if got, e := wire.Get(want); e != api.OK || !samples.SameMsg(got, m) {
 					t.Errorf("%v is got otherwise", brief(m))
 				}
 			}
