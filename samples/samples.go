@@ -13,6 +13,10 @@ const (
 	room    = 256  // bytes of spare room
 	unasked = 0xee // each of them: seldom what anyone would put there
 	spare   = 3    // parts of spare room, each nil
+
+	wildBody  = 200 // a wild message's body has fewer bytes
+	wildParts = 20  // and it has fewer parts: at times more than there may be
+	wildPart  = 40  // each of fewer bytes
 )
 
 // Source gives numbers; whether they come by chance is the caller's.
@@ -116,6 +120,59 @@ func Spoil(b []byte) {
 	for i := range b {
 		b[i] ^= 0x55
 	}
+}
+
+// WildMsg is a message that has any numbers, those that no message may have among
+// them, and a body and parts of the source's bytes.
+func WildMsg(s Source) api.Msg {
+	all := Numbers()
+	some := func() int { return all[below(s, len(all))] }
+	m := api.Msg{Kind: some(), From: some(), View: some(), Reg: some(), Slot: some(), Hash: Hash(s)}
+	m.Body = Text(s, below(s, wildBody))
+	for range below(s, wildParts) {
+		m.Parts = append(m.Parts, Text(s, below(s, wildPart)))
+	}
+	return m
+}
+
+// NearMsg is a wild message of which each number may be, or just may not be: it
+// is formed often, but not always.
+func NearMsg(s Source) api.Msg {
+	m := WildMsg(s)
+	m.Kind, m.From = below(s, api.MReq+2), below(s, api.MaxNodes+1)
+	m.View, m.Reg, m.Slot = below(s, api.MaxSlots+2), below(s, api.MaxReg+2), below(s, api.MaxSlots+2)
+	return m
+}
+
+// below is a number of the source's from 0 to n - 1.
+func below(s Source, n int) int {
+	return int(s.Uint64() % uint64(n))
+}
+
+// SpoilMsg writes over all that m's lists have, and over the list of its parts.
+func SpoilMsg(m api.Msg) {
+	Spoil(m.Body)
+	for _, part := range m.Parts {
+		Spoil(part)
+	}
+	clear(m.Parts[:cap(m.Parts)])
+}
+
+// ApartMsg tells whether no two of m's lists share memory; each is spoiled to see
+// what changes with it.
+func ApartMsg(m api.Msg) bool {
+	lists := append([][]byte{m.Body}, m.Parts...)
+	for i, b := range lists {
+		var before [][]byte
+		for _, behind := range lists[i+1:] {
+			before = append(before, slices.Clone(behind))
+		}
+		Spoil(b)
+		if !slices.EqualFunc(lists[i+1:], before, bytes.Equal) {
+			return false
+		}
+	}
+	return true
 }
 
 // Numbers are numbers of which the bytes are of all sorts, those at the ends of

@@ -160,6 +160,51 @@ func TestSpoil(t *testing.T) {
 	samples.Spoil(nil)
 }
 
+// Wild and near messages are the same again from the same source; near ones have numbers within, at and beyond the bounds.
+func TestAnyMsg(t *testing.T) {
+	a, b := rand.New(rand.NewPCG(1, 2)), rand.New(rand.NewPCG(1, 2))
+	kinds, senders, slots, parts, below := map[int]bool{}, map[int]bool{}, map[int]bool{}, map[int]bool{}, 0
+	for range 3000 {
+		wild, near := samples.WildMsg(a), samples.NearMsg(a)
+		if !samples.SameMsg(wild, samples.WildMsg(b)) || !samples.SameMsg(near, samples.NearMsg(b)) {
+			t.Fatal("they are others")
+		}
+		kinds[near.Kind], senders[near.From], slots[near.Slot], parts[len(near.Parts)] = true, true, true, true
+		if wild.From < 0 {
+			below++
+		}
+	}
+	if len(kinds) != 14 || len(senders) != 17 || len(slots) != 62 || len(parts) != 20 || below == 0 {
+		t.Errorf("%d kinds, %d senders, %d slots, %d numbers of parts, %d below 0", len(kinds), len(senders), len(slots), len(parts), below)
+	}
+}
+
+// Each list of a spoiled message is spoiled, and it has no parts any more that were.
+func TestSpoilMsg(t *testing.T) {
+	m := filled()
+	body, first, last := m.Body, m.Parts[0], m.Parts[2]
+	samples.SpoilMsg(m)
+	if body[0] == 7 || body[1] == 8 || first[0] == 9 || last[0] == 10 || last[1] == 11 || m.Parts[0] != nil || m.Parts[2] != nil {
+		t.Errorf("%v of %x, %x, %x", m, body, first, last)
+	}
+	samples.SpoilMsg(api.Msg{})
+}
+
+// Lists that share memory, spare room included, are told from such that don't.
+func TestApartMsg(t *testing.T) {
+	b := []byte{1, 2, 3, 4, 5, 6}
+	for _, m := range []api.Msg{{}, filled(), {Body: b[:3:3], Parts: [][]byte{b[3:4:4], b[4:]}}} {
+		if !samples.ApartMsg(m) {
+			t.Errorf("%v: apart", m)
+		}
+	}
+	for _, m := range []api.Msg{{Body: b, Parts: [][]byte{{1}, b[5:]}}, {Body: b[:3], Parts: [][]byte{b[3:]}}, {Parts: [][]byte{b[3:], b}}, {Parts: [][]byte{{1}, b[:2], nil, b[2:]}}} {
+		if samples.ApartMsg(m) {
+			t.Errorf("%v: not apart", m)
+		}
+	}
+}
+
 // No number is there twice, and one that is handed out is nobody else's.
 func TestNumbers(t *testing.T) {
 	l := samples.Numbers()

@@ -70,20 +70,12 @@ func TestGotIsNew(t *testing.T) {
 	got, _ := wire.Get(b)
 	again, _ := wire.Get(b)
 	samples.Spoil(b)
-	samples.Spoil(again.Body)
-	for _, part := range again.Parts {
-		samples.Spoil(part)
-	}
-	clear(again.Parts[:cap(again.Parts)])
+	samples.SpoilMsg(again)
 	if !samples.SameMsg(got, m) {
-		t.Fatal("it changes with the bytes, or a later answer")
+		t.Error("it changes with the bytes, or a later answer")
 	}
-	samples.Spoil(got.Body)
-	for i := range got.Parts {
-		if !slices.EqualFunc(got.Parts[i:], m.Parts[i:], bytes.Equal) {
-			t.Errorf("part %d changes with the one ahead of it", i)
-		}
-		samples.Spoil(got.Parts[i])
+	if !samples.ApartMsg(got) {
+		t.Error("its lists change with each other")
 	}
 }
 
@@ -97,9 +89,7 @@ func TestPutIsNew(t *testing.T) {
 	if !bytes.Equal(second, want) || !bytes.Equal(bytesOf(m), want) {
 		t.Error("they change with earlier ones, or the message with them")
 	}
-	samples.Spoil(m.Body)
-	samples.Spoil(m.Parts[0])
-	samples.Spoil(m.Parts[1])
+	samples.SpoilMsg(m)
 	if !bytes.Equal(second, want) {
 		t.Error("they change with the message")
 	}
@@ -130,14 +120,11 @@ func TestSameAgain(t *testing.T) {
 // R1: every call ends and none panics, at all arguments.
 func TestNeverPanics(t *testing.T) {
 	r := chance()
-	all := samples.Numbers()
-	some := func() int { return all[r.IntN(len(all))] }
 	for range 5000 {
-		m := api.Msg{Kind: some(), From: some(), View: some(), Reg: some(), Slot: some(), Hash: samples.Hash(r), Body: samples.Text(r, r.IntN(200))}
-		m.Parts = samples.Texts(r, make([]int, r.IntN(20))...)
+		m := samples.WildMsg(r)
 		wire.Size(m)
 		wire.Put(m)
-		m.Kind, m.From, m.View, m.Reg, m.Slot = r.IntN(14), r.IntN(17), r.IntN(62), r.IntN(42), r.IntN(62)
+		m = samples.NearMsg(r)
 		wire.Put(m)
 		b := bytesOf(m)
 		wire.Get(b)
