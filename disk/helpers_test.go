@@ -1,0 +1,110 @@
+package disk_test
+
+import (
+	"math"
+	"math/rand/v2"
+	"slices"
+	"strconv"
+	"strings"
+	"testing"
+
+	"consistory/api"
+	"consistory/disk"
+)
+
+const (
+	longest = 24      // bytes of a file's name
+	most    = 1 << 20 // bytes of a disk
+)
+
+// none is a plan that tears nothing.
+func none(keep uint64) api.Plan {
+	return api.Plan{Keep: keep, Torn: -1}
+}
+
+// wrongNames are names that no file has.
+func wrongNames() []string {
+	return []string{"", strings.Repeat("n", longest+1), strings.Repeat("n", longest+2), strings.Repeat("\x00", 256), strings.Repeat("n", 256+5), strings.Repeat("é", longest/2) + "x"}
+}
+
+// rightNames are names of all lengths, and of bytes of all sorts.
+func rightNames() []string {
+	l := []string{"\x00", " ", "/", "..", "\xff", "\xff\xfe\x00", "é", strings.Repeat("é", longest/2), strings.Repeat("\x00", longest)}
+	for n := 1; n <= longest; n++ {
+		l = append(l, strings.Repeat("a", n))
+	}
+	return l
+}
+
+// filesOf tells all that is read of d, from its first file to its last.
+func filesOf(d *disk.Disk) string {
+	var s strings.Builder
+	for _, name := range d.Names() {
+		b, e := d.Read(name)
+		s.WriteString(strconv.Quote(name) + ":" + strconv.Quote(string(b)))
+		if e != api.OK {
+			s.WriteString("!" + strconv.Itoa(int(e)))
+		}
+		s.WriteString(" ")
+	}
+	return s.String()
+}
+
+// allOf tells all that d can be asked for: what is read, what each of some crashes would leave, and how long the fuse is.
+func allOf(d *disk.Disk) string {
+	s := filesOf(d) + strconv.Itoa(d.Pending()) + " " + strconv.FormatBool(d.Down())
+	for _, p := range []api.Plan{none(0), none(math.MaxUint64), none(0x5555555555555555), {Torn: 0, Cut: 1}} {
+		c := d.Copy()
+		c.Crash(p)
+		s += " / " + filesOf(c)
+	}
+	c, n := d.Copy(), 0
+	for ; n < 20 && !c.Down(); n++ {
+		c.Sync()
+	}
+	return s + " / " + strconv.Itoa(n)
+}
+
+// holds checks that the files of d are those, each name with its bytes behind it.
+func holds(t *testing.T, what string, d *disk.Disk, pairs ...string) {
+	t.Helper()
+	var names []string
+	for p := range slices.Chunk(pairs, 2) {
+		names = append(names, p[0])
+		if b, e := d.Read(p[0]); e != api.OK || string(b) != p[1] {
+			t.Errorf("%s: %q is %q, %v; want %q", what, p[0], b, e, p[1])
+		}
+	}
+	if l := d.Names(); !slices.Equal(l, names) {
+		t.Errorf("%s: there are %q; want %q", what, l, names)
+	}
+}
+
+// told checks the errors that calls answered, in their order.
+func told(t *testing.T, what string, want api.Errno, got ...api.Errno) {
+	t.Helper()
+	for i, e := range got {
+		if e != want {
+			t.Errorf("%s: call %d tells %v; want %v", what, i, e, want)
+		}
+	}
+}
+
+// refused checks that each call answers the error want, and changes nothing.
+func refused(t *testing.T, what string, d *disk.Disk, want api.Errno, calls ...func() api.Errno) {
+	t.Helper()
+	before := allOf(d)
+	for i, call := range calls {
+		if e := call(); e != want {
+			t.Errorf("%s: call %d tells %v; want %v", what, i, e, want)
+		}
+		if after := allOf(d); after != before {
+			t.Errorf("%s: call %d makes of %s %s", what, i, before, after)
+		}
+	}
+}
+
+// chance is a source of numbers that is always the same.
+func chance() *rand.Rand {
+	return rand.New(rand.NewPCG(10, 3))
+}
