@@ -6,6 +6,7 @@ import (
 
 	"consistory/api"
 	"consistory/disk"
+	"consistory/samples"
 )
 
 // things are one of each sort of things that a fuse counts, which a disk with a file a and room does; a sync answers nothing.
@@ -31,16 +32,16 @@ func TestFuseCounts(t *testing.T) {
 				told(t, "within the fuse", doLike[i](), do[i]())
 			}
 		}
-		if d.Down() || filesOf(d) != filesOf(like) || d.Pending() != like.Pending() {
-			t.Errorf("%d: %v %s %d", n, d.Down(), filesOf(d), d.Pending())
+		if d.Down() || samples.Files(d) != samples.Files(like) || d.Pending() != like.Pending() {
+			t.Errorf("%d: %v %s %d", n, d.Down(), samples.Files(d), d.Pending())
 		}
 		if n == 3 {
 			d.Sync()
 		} else {
 			told(t, "beyond the fuse", api.ErrDown, d.Append("a", []byte("4")))
 		}
-		if !d.Down() || filesOf(d) != filesOf(like) || d.Pending() != like.Pending() {
-			t.Errorf("%d: beyond: %v %s %d; want %s %d", n, d.Down(), filesOf(d), d.Pending(), filesOf(like), like.Pending())
+		if !d.Down() || samples.Files(d) != samples.Files(like) || d.Pending() != like.Pending() {
+			t.Errorf("%d: beyond: %v %s %d; want %s %d", n, d.Down(), samples.Files(d), d.Pending(), samples.Files(like), like.Pending())
 		}
 	}
 }
@@ -50,7 +51,7 @@ func TestFuseBlowsByEach(t *testing.T) {
 	for i := range things(nil) {
 		d := disk.New(100)
 		told(t, "ahead", api.OK, d.Append("a", []byte("1")), d.Append("b", []byte("1")), d.Append("c", []byte("1")))
-		before := filesOf(d)
+		before := samples.Files(d)
 		d.Fuse(0)
 		if d.Down() {
 			t.Error("it is down by the fuse alone")
@@ -60,8 +61,8 @@ func TestFuseBlowsByEach(t *testing.T) {
 			want = api.OK
 		}
 		told(t, "beyond the fuse", want, things(d)[i]())
-		if !d.Down() || filesOf(d) != before || d.Pending() != 3 {
-			t.Errorf("%d: %v %s %d", i, d.Down(), filesOf(d), d.Pending())
+		if !d.Down() || samples.Files(d) != before || d.Pending() != 3 {
+			t.Errorf("%d: %v %s %d", i, d.Down(), samples.Files(d), d.Pending())
 		}
 		d.Crash(none(0))
 		holds(t, "nothing was synced", d)

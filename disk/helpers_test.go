@@ -10,6 +10,7 @@ import (
 
 	"consistory/api"
 	"consistory/disk"
+	"consistory/samples"
 )
 
 const (
@@ -36,27 +37,13 @@ func rightNames() []string {
 	return l
 }
 
-// filesOf tells all that is read of d, from its first file to its last.
-func filesOf(d *disk.Disk) string {
-	var s strings.Builder
-	for _, name := range d.Names() {
-		b, e := d.Read(name)
-		s.WriteString(strconv.Quote(name) + ":" + strconv.Quote(string(b)))
-		if e != api.OK {
-			s.WriteString("!" + strconv.Itoa(int(e)))
-		}
-		s.WriteString(" ")
-	}
-	return s.String()
-}
-
 // allOf tells all that d can be asked for: what is read, what each of some crashes would leave, and how long the fuse is.
 func allOf(d *disk.Disk) string {
-	s := filesOf(d) + strconv.Itoa(d.Pending()) + " " + strconv.FormatBool(d.Down())
+	s := samples.Files(d) + strconv.Itoa(d.Pending()) + " " + strconv.FormatBool(d.Down())
 	for _, p := range []api.Plan{none(0), none(math.MaxUint64), none(0x5555555555555555), {Torn: 0, Cut: 1}} {
 		c := d.Copy()
 		c.Crash(p)
-		s += " / " + filesOf(c)
+		s += " / " + samples.Files(c)
 	}
 	c, n := d.Copy(), 0
 	for ; n < 20 && !c.Down(); n++ {

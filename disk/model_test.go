@@ -10,6 +10,7 @@ import (
 
 	"consistory/api"
 	"consistory/disk"
+	"consistory/samples"
 )
 
 // deed is one thing that was done: how, to which files, by which text.
@@ -127,7 +128,7 @@ func (x both) same(t *testing.T, what string) {
 	for _, name := range slices.Sorted(maps.Keys(f)) {
 		want.WriteString(strconv.Quote(name) + ":" + strconv.Quote(f[name]) + " ")
 	}
-	if got := filesOf(x.d); got != want.String() || x.d.Pending() != len(x.m.pending) || x.d.Down() != x.m.down {
+	if got := samples.Files(x.d); got != want.String() || x.d.Pending() != len(x.m.pending) || x.d.Down() != x.m.down {
 		t.Fatalf("%s: %s, %d pending, down: %v; want %s, %d, %v", what, got, x.d.Pending(), x.d.Down(), want.String(), len(x.m.pending), x.m.down)
 	}
 }

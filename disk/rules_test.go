@@ -181,7 +181,7 @@ func TestNeverPanics(t *testing.T) {
 				d.Copy().Write(name(), nil)
 			}
 		}
-		filesOf(d)
+		samples.Files(d)
 		allOf(d)
 	}
 }

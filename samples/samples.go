@@ -5,6 +5,8 @@ import (
 	"bytes"
 	"math"
 	"slices"
+	"strconv"
+	"strings"
 
 	"consistory/api"
 )
@@ -12,7 +14,7 @@ import (
 const (
 	room    = 256  // bytes of spare room
 	unasked = 0xee // each of them: seldom what anyone would put there
-	spare   = 3    // parts of spare room, each nil
+	spare   = 3    // texts of spare room, each nil
 
 	wildBody  = 200 // a wild message's body has fewer bytes
 	wildParts = 20  // and it has fewer parts: at times more than there may be
@@ -22,6 +24,26 @@ const (
 // Source gives numbers; whether they come by chance is the caller's.
 type Source interface {
 	Uint64() uint64
+}
+
+// Disk is what files are read of.
+type Disk interface {
+	Names() []string
+	Read(name string) ([]byte, api.Errno)
+}
+
+// Files tells all that is read of d, from its first file to its last.
+func Files(d Disk) string {
+	var s strings.Builder
+	for _, name := range d.Names() {
+		b, e := d.Read(name)
+		s.WriteString(strconv.Quote(name) + ":" + strconv.Quote(string(b)))
+		if e != api.OK {
+			s.WriteString("!" + strconv.Itoa(int(e)))
+		}
+		s.WriteString(" ")
+	}
+	return s.String()
 }
 
 // Text is n bytes of the source's.
@@ -79,25 +101,32 @@ func Roomy(b []byte) (whole, view []byte) {
 	return whole, whole[:len(b)]
 }
 
+// RoomyTexts is l with spare room behind each text and behind the list of these, and a
+// call that tells whether all of that is still as it was.
+func RoomyTexts(l [][]byte) (view [][]byte, stays func() bool) {
+	var wholes, before [][]byte
+	list := make([][]byte, len(l)+spare)
+	for i, text := range l {
+		whole, roomy := Roomy(text)
+		list[i] = roomy
+		wholes, before = append(wholes, whole), append(before, slices.Clone(whole))
+	}
+	view = list[:len(l)]
+	return view, func() bool {
+		empty := !slices.ContainsFunc(list[len(l):], func(text []byte) bool { return text != nil })
+		return empty && slices.EqualFunc(wholes, before, bytes.Equal) && slices.EqualFunc(view, l, bytes.Equal)
+	}
+}
+
 // RoomyMsg is m with spare room behind its body, its parts and the list of these,
 // and a call that tells whether all of that is still as it was.
 func RoomyMsg(m api.Msg) (view api.Msg, stays func() bool) {
-	var wholes, before [][]byte
-	roomy := func(b []byte) []byte {
-		whole, view := Roomy(b)
-		wholes, before = append(wholes, whole), append(before, slices.Clone(whole))
-		return view
-	}
+	body, bodyStays := RoomyTexts([][]byte{m.Body})
+	parts, partsStay := RoomyTexts(m.Parts)
 	view = m
-	view.Body = roomy(m.Body)
-	list := make([][]byte, len(m.Parts)+spare)
-	for i, part := range m.Parts {
-		list[i] = roomy(part)
-	}
-	view.Parts = list[:len(m.Parts)]
+	view.Body, view.Parts = body[0], parts
 	return view, func() bool {
-		empty := !slices.ContainsFunc(list[len(m.Parts):], func(part []byte) bool { return part != nil })
-		return empty && slices.EqualFunc(wholes, before, bytes.Equal) && SameMsg(view, m)
+		return bodyStays() && partsStay() && SameMsg(view, m)
 	}
 }
 
@@ -161,7 +190,12 @@ func SpoilMsg(m api.Msg) {
 // ApartMsg tells whether no two of m's lists share memory; each is spoiled to see
 // what changes with it.
 func ApartMsg(m api.Msg) bool {
-	lists := append([][]byte{m.Body}, m.Parts...)
+	return Apart(append([][]byte{m.Body}, m.Parts...))
+}
+
+// Apart tells whether no two of the lists share memory; each is spoiled to see what
+// changes with it.
+func Apart(lists [][]byte) bool {
 	for i, b := range lists {
 		var before [][]byte
 		for _, behind := range lists[i+1:] {

@@ -3,6 +3,7 @@ package samples_test
 import (
 	"bytes"
 	"encoding/binary"
+	"maps"
 	"math/rand/v2"
 	"slices"
 	"testing"
@@ -49,6 +50,34 @@ func TestLengthAnd(t *testing.T) {
 		if got := samples.LengthAnd(b); !bytes.Equal(got, want) || !bytes.Equal(b, before) {
 			t.Errorf("%d bytes begin with % x", n, got[:min(len(got), 5)])
 		}
+	}
+}
+
+// shelf is files of which the one named lost can't be read.
+type shelf map[string]string
+
+func (s shelf) Names() []string {
+	return slices.Sorted(maps.Keys(s))
+}
+
+func (s shelf) Read(name string) ([]byte, api.Errno) {
+	if name == "lost" {
+		return nil, api.ErrNone
+	}
+	return []byte(s[name]), api.OK
+}
+
+// All names and bytes are told, with errors, so that no two sorts of files are told alike.
+func TestFiles(t *testing.T) {
+	if got := samples.Files(shelf{"b": "\x00", "a": "", "lost": ""}); got != `"a":"" "b":"\x00" "lost":""!13 ` {
+		t.Error(got)
+	}
+	seen := map[string]int{}
+	for i, s := range []shelf{{}, {"": ""}, {"a": ""}, {"a": "b"}, {"a": "b", "c": "d"}, {"a": "bc", "d": ""}, {"a": `b" "c":"d`}, {"a": "", "lost": ""}, {"a": "", "loss": ""}} {
+		if j, there := seen[samples.Files(s)]; there {
+			t.Errorf("files %d are told as files %d", i, j)
+		}
+		seen[samples.Files(s)] = i
 	}
 }
 
@@ -109,6 +138,27 @@ func TestSameMsg(t *testing.T) {
 	}
 	if got := samples.BriefMsg(filled()); !slices.Equal(got, []int{1, 2, 3, 4, 5, 2, 3}) {
 		t.Error(got)
+	}
+}
+
+// Texts with room behind them are the same ones; what is put into the room, or into the list of them, is noticed.
+func TestRoomyTexts(t *testing.T) {
+	for _, l := range [][][]byte{nil, {nil}, {{1}, {}, {2, 3}}} {
+		view, stays := samples.RoomyTexts(l)
+		if !slices.EqualFunc(view, l, bytes.Equal) || cap(view) <= len(l) || !stays() {
+			t.Errorf("%x: %x", l, view)
+		}
+		_ = append(view, []byte{4})
+		if stays() {
+			t.Errorf("%x: one more is there, and nobody tells", l)
+		}
+		for i := range l {
+			view, stays := samples.RoomyTexts(l)
+			_ = append(view[i], 5)
+			if cap(view[i]) <= len(l[i]) || stays() {
+				t.Errorf("%x: text %d has a byte more, and nobody tells", l, i)
+			}
+		}
 	}
 }
 
@@ -194,7 +244,7 @@ func TestSpoilMsg(t *testing.T) {
 func TestApartMsg(t *testing.T) {
 	b := []byte{1, 2, 3, 4, 5, 6}
 	for _, m := range []api.Msg{{}, filled(), {Body: b[:3:3], Parts: [][]byte{b[3:4:4], b[4:]}}} {
-		if !samples.ApartMsg(m) {
+		if !samples.ApartMsg(m) || !samples.Apart(m.Parts) {
 			t.Errorf("%v: apart", m)
 		}
 	}
@@ -202,6 +252,9 @@ func TestApartMsg(t *testing.T) {
 		if samples.ApartMsg(m) {
 			t.Errorf("%v: not apart", m)
 		}
+	}
+	if samples.Apart([][]byte{b[:1], b[1:2:2]}) || !samples.Apart([][]byte{b[:1:1], b[1:2]}) {
+		t.Error("of two lists: whether they are apart")
 	}
 }
 
