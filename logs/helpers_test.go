@@ -1,0 +1,141 @@
+package logs_test
+
+import (
+	"bytes"
+	"crypto/sha256"
+	"encoding/binary"
+	"math/rand/v2"
+	"slices"
+	"strconv"
+	"testing"
+
+	"consistory/api"
+	"consistory/disk"
+	"consistory/logs"
+	"consistory/samples"
+)
+
+const (
+	full    = 2048    // bytes of a segment that gets no further record
+	most    = 1 << 20 // bytes of a disk
+	highest = 1<<64 - 1
+)
+
+// summed is b and the first eight bytes of the library's digest of it.
+func summed(b string) string {
+	sum := sha256.Sum256([]byte(b))
+	return b + string(sum[:8])
+}
+
+// record is a record's bytes.
+func record(number uint64, text string) string {
+	return summed(string(binary.AppendUvarint(nil, number)) + string(samples.LengthAnd([]byte(text))))
+}
+
+// run is the bytes of records of these texts, from that number on.
+func run(number uint64, texts ...string) string {
+	s := ""
+	for _, text := range texts {
+		s += record(number, text)
+		number++
+	}
+	return s
+}
+
+// sized is a text of which the record has so many bytes, if its number is below 128 and it isn't a short one.
+func sized(bytes int) string {
+	return string(make([]byte, bytes-11))
+}
+
+// listed are the texts as lists of bytes.
+func listed(texts ...string) [][]byte {
+	l := make([][]byte, len(texts))
+	for i, text := range texts {
+		l[i] = []byte(text)
+	}
+	return l
+}
+
+// same tells whether those are the texts.
+func same(l [][]byte, texts []string) bool {
+	return slices.EqualFunc(l, listed(texts...), bytes.Equal)
+}
+
+// diskOf is a disk that has those files synced, each name with its bytes behind it.
+func diskOf(pairs ...string) *disk.Disk {
+	d := disk.New(most)
+	for p := range slices.Chunk(pairs, 2) {
+		d.Write(p[0], []byte(p[1]))
+	}
+	d.Sync()
+	return d
+}
+
+// none is a plan that tears nothing.
+func none(keep uint64) api.Plan {
+	return api.Plan{Keep: keep, Torn: -1}
+}
+
+// after is d as a crash by that plan leaves it; d itself doesn't crash.
+func after(d *disk.Disk, p api.Plan) *disk.Disk {
+	c := d.Copy()
+	c.Crash(p)
+	return c
+}
+
+// stateOf tells what is read of d, what was synced, and how much is pending.
+func stateOf(d *disk.Disk) string {
+	return samples.Files(d) + "/ " + samples.Files(after(d, none(0))) + "/ " + strconv.Itoa(d.Pending())
+}
+
+// holds checks that the files of d are those, each name with its bytes behind it.
+func holds(t *testing.T, what string, d *disk.Disk, pairs ...string) {
+	t.Helper()
+	if got, want := samples.Files(d), samples.Files(diskOf(pairs...)); got != want {
+		t.Errorf("%s: there is %.2000s; want %.2000s", what, got, want)
+	}
+}
+
+// told checks the errors that calls answered, in their order.
+func told(t *testing.T, what string, want api.Errno, got ...api.Errno) {
+	t.Helper()
+	for i, e := range got {
+		if e != want {
+			t.Errorf("%s: call %d tells %v; want %v", what, i, e, want)
+		}
+	}
+}
+
+// opened is the log f of d, which is opened without an error, has that next number, and those texts.
+func opened(t *testing.T, what string, d *disk.Disk, next uint64, texts ...string) *logs.Log {
+	t.Helper()
+	l, got, e := logs.Open(d, "f")
+	if e != api.OK || l == nil {
+		t.Fatalf("%s: it isn't opened: %v", what, e)
+	}
+	if !same(got, texts) || l.Next() != next {
+		t.Errorf("%s: %.500q, and then %d; want %.500q, and then %d", what, got, l.Next(), texts, next)
+	}
+	return l
+}
+
+// refused checks that a log of that prefix isn't opened, by that error.
+func refused(t *testing.T, what string, d *disk.Disk, prefix string, want api.Errno) {
+	t.Helper()
+	if l, texts, e := logs.Open(d, prefix); e != want || l != nil || len(texts) != 0 {
+		t.Errorf("%s: %v, %.200q, %v; want %v", what, l != nil, texts, e, want)
+	}
+}
+
+// put appends texts to a log that takes them.
+func put(t *testing.T, l *logs.Log, texts ...string) {
+	t.Helper()
+	for _, text := range texts {
+		told(t, "append", api.OK, l.Append([]byte(text)))
+	}
+}
+
+// chance is a source of numbers that is always the same.
+func chance() *rand.Rand {
+	return rand.New(rand.NewPCG(11, 4))
+}
