@@ -8,6 +8,7 @@ import (
 
 	"consistory/api"
 	"consistory/disk"
+	"consistory/samples"
 )
 
 // sixPending is a disk with a file a that is synced, and each kind of thing pending, some that hang on others.
@@ -51,7 +52,7 @@ func TestCrashKeep(t *testing.T) {
 		if d.Pending() != 6 {
 			t.Fatal(d.Pending())
 		}
-		d.Crash(none(c.keep))
+		d.Crash(samples.Keeping(c.keep))
 		holds(t, strconv.FormatUint(c.keep, 2), d, c.files...)
 		if d.Pending() != 0 {
 			t.Error(d.Pending())
@@ -99,7 +100,7 @@ func TestCrashTorn(t *testing.T) {
 // P10.2: beyond the 64th thing the bits begin anew, but what is torn is one thing alone.
 func TestCrashOfMany(t *testing.T) {
 	const things = 200
-	for _, p := range []api.Plan{none(0), none(1), none(2), none(1 << 63), none(1<<63 | 1<<7 | 1<<8), {Keep: 1 << 5, Torn: 69, Cut: 1}, {Torn: 69, Cut: 1}, {Torn: 128}, {Torn: 199, Cut: 1}, {Torn: 5, Cut: 1}} {
+	for _, p := range []api.Plan{samples.Keeping(0), samples.Keeping(1), samples.Keeping(2), samples.Keeping(1 << 63), samples.Keeping(1<<63 | 1<<7 | 1<<8), {Keep: 1 << 5, Torn: 69, Cut: 1}, {Torn: 69, Cut: 1}, {Torn: 128}, {Torn: 199, Cut: 1}, {Torn: 5, Cut: 1}} {
 		d := disk.New(2 * things)
 		var want strings.Builder
 		for i := range things {
@@ -141,14 +142,14 @@ func TestCrashRename(t *testing.T) {
 		files []string
 	}{{0, []string{"a", "1", "b", "2"}}, {1, []string{"a", "1", "b", "2"}}, {2, []string{"b", "1"}}, {4, []string{"a", "2"}}, {6, []string{"a", "1"}}, {7, []string{"a", "1"}}} {
 		d := build()
-		d.Crash(none(c.keep))
+		d.Crash(samples.Keeping(c.keep))
 		holds(t, strconv.FormatUint(c.keep, 2), d, c.files...)
 	}
 	d := disk.New(100)
 	told(t, "ahead", api.OK, d.Write("b", []byte("2")))
 	d.Sync()
 	told(t, "pending", api.OK, d.Write("a", []byte("1")), d.Rename("a", "b"))
-	d.Crash(none(2))
+	d.Crash(samples.Keeping(2))
 	holds(t, "what never was there", d, "b", "2")
 }
 
@@ -160,11 +161,11 @@ func TestSyncedStays(t *testing.T) {
 	if d.Pending() != 0 {
 		t.Error(d.Pending())
 	}
-	for _, p := range []api.Plan{none(0), {}, none(math.MaxUint64), {Torn: 0, Cut: 0}, {Torn: 1, Cut: -1, Keep: 1}} {
+	for _, p := range []api.Plan{samples.Keeping(0), {}, samples.Keeping(math.MaxUint64), {Torn: 0, Cut: 0}, {Torn: 1, Cut: -1, Keep: 1}} {
 		d.Crash(p)
 		holds(t, "nothing was pending", d, "a", "1", "c", "2")
 		told(t, "pending", api.OK, d.Append("a", []byte("more")), d.Delete("a"), d.Rename("c", "a"), d.Write("c", nil))
-		d.Crash(none(0))
+		d.Crash(samples.Keeping(0))
 		holds(t, "pending", d, "a", "1", "c", "2")
 	}
 }
@@ -192,7 +193,7 @@ func TestSyncBeginsAnew(t *testing.T) {
 	if d.Pending() != 3 {
 		t.Error(d.Pending())
 	}
-	d.Crash(none(1 << 1))
+	d.Crash(samples.Keeping(1 << 1))
 	holds(t, "behind", d, "a", strings.Repeat("1", 70), "b", "2")
 }
 

@@ -188,7 +188,7 @@ func TestMoreThanRoom(t *testing.T) {
 	told(t, "ahead", api.OK, d.Write("a", []byte("12345")))
 	d.Sync()
 	told(t, "pending", api.OK, d.Delete("a"), d.Write("b", []byte("6789")))
-	d.Crash(none(2))
+	d.Crash(samples.Keeping(2))
 	holds(t, "crash", d, "a", "12345", "b", "6789")
 	refused(t, "no room", d, api.ErrFull,
 		func() api.Errno { return d.Append("a", nil) },

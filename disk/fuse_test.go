@@ -64,7 +64,7 @@ func TestFuseBlowsByEach(t *testing.T) {
 		if !d.Down() || samples.Files(d) != before || d.Pending() != 3 {
 			t.Errorf("%d: %v %s %d", i, d.Down(), samples.Files(d), d.Pending())
 		}
-		d.Crash(none(0))
+		d.Crash(samples.Keeping(0))
 		holds(t, "nothing was synced", d)
 	}
 }
@@ -139,7 +139,7 @@ func TestDown(t *testing.T) {
 	if _, e := d.Read("x"); e != api.ErrNone || d.Pending() != 1 {
 		t.Error(e, d.Pending())
 	}
-	d.Crash(none(0))
+	d.Crash(samples.Keeping(0))
 	holds(t, "what was synced alone", d, "b", "2")
 }
 
@@ -153,7 +153,7 @@ func TestCrashTakesFuse(t *testing.T) {
 		if d.Down() != (n < 2) {
 			t.Error(n, d.Down())
 		}
-		d.Crash(none(math.MaxUint64))
+		d.Crash(samples.Keeping(math.MaxUint64))
 		if d.Down() || d.Pending() != 0 {
 			t.Error(n, d.Down(), d.Pending())
 		}
@@ -199,8 +199,8 @@ func TestFuseAheadOfSync(t *testing.T) {
 	}
 	d.Sync()
 	c := d.Copy()
-	d.Crash(none(0))
+	d.Crash(samples.Keeping(0))
 	holds(t, "it wasn't synced", d)
-	c.Crash(none(1))
+	c.Crash(samples.Keeping(1))
 	holds(t, "but may have been kept", c, "a", "1")
 }

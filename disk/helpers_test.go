@@ -18,11 +18,6 @@ const (
 	most    = 1 << 20 // bytes of a disk
 )
 
-// none is a plan that tears nothing.
-func none(keep uint64) api.Plan {
-	return api.Plan{Keep: keep, Torn: -1}
-}
-
 // wrongNames are names that no file has.
 func wrongNames() []string {
 	return []string{"", strings.Repeat("n", longest+1), strings.Repeat("n", longest+2), strings.Repeat("\x00", 256), strings.Repeat("n", 256+5), strings.Repeat("é", longest/2) + "x"}
@@ -40,7 +35,7 @@ func rightNames() []string {
 // allOf tells all that d can be asked for: what is read, what each of some crashes would leave, and how long the fuse is.
 func allOf(d *disk.Disk) string {
 	s := samples.Files(d) + strconv.Itoa(d.Pending()) + " " + strconv.FormatBool(d.Down())
-	for _, p := range []api.Plan{none(0), none(math.MaxUint64), none(0x5555555555555555), {Torn: 0, Cut: 1}} {
+	for _, p := range []api.Plan{samples.Keeping(0), samples.Keeping(math.MaxUint64), samples.Keeping(0x5555555555555555), {Torn: 0, Cut: 1}} {
 		c := d.Copy()
 		c.Crash(p)
 		s += " / " + samples.Files(c)

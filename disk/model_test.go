@@ -220,8 +220,8 @@ func TestCopy(t *testing.T) {
 			}
 		}
 		for _, x := range all {
-			x.d.Crash(none(0))
-			x.m.crash(none(0))
+			x.d.Crash(samples.Keeping(0))
+			x.m.crash(samples.Keeping(0))
 			x.same(t, "what was synced")
 		}
 	}
@@ -242,10 +242,10 @@ func TestCopyOfFuse(t *testing.T) {
 		t.Error(c.Down(), d.Down())
 	}
 	down := c.Copy()
-	c.Crash(none(0))
+	c.Crash(samples.Keeping(0))
 	if !down.Down() || c.Down() || down.Pending() != 2 {
 		t.Error(down.Down(), c.Down(), down.Pending())
 	}
-	down.Crash(none(1))
+	down.Crash(samples.Keeping(1))
 	holds(t, "copy of the copy", down, "a", "123")
 }

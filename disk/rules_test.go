@@ -79,7 +79,7 @@ func TestNamesAreNotKept(t *testing.T) {
 	samples.Spoil(to)
 	for _, d := range []*disk.Disk{d, c} {
 		holds(t, "read", d, "to", "1")
-		d.Crash(none(1))
+		d.Crash(samples.Keeping(1))
 		holds(t, "pending", d, "from", "1")
 	}
 }
@@ -102,7 +102,7 @@ func TestReadIsNew(t *testing.T) {
 			holds(t, "it changes with the answer", d, "a", text, "b", "ahead"+text)
 			d.Sync()
 			told(t, "put", api.OK, d.Append("b", []byte("behind")))
-			d.Crash(none(0))
+			d.Crash(samples.Keeping(0))
 		}
 	}
 }

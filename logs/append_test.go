@@ -24,14 +24,14 @@ func TestAppend(t *testing.T) {
 		}
 		holds(t, "put", d, "f.1", run(1, texts[:i+1]...))
 	}
-	holds(t, "none is synced", after(d, none(0)))
+	holds(t, "none is synced", samples.After(d, samples.Keeping(0)))
 	l.Sync()
 	if d.Pending() != 0 {
 		t.Error(d.Pending())
 	}
-	holds(t, "all are synced", after(d, none(0)), "f.1", run(1, texts...))
+	holds(t, "all are synced", samples.After(d, samples.Keeping(0)), "f.1", run(1, texts...))
 	put(t, l, "b")
-	opened(t, "behind the sync", after(d, none(0)), 6, texts...)
+	opened(t, "behind the sync", samples.After(d, samples.Keeping(0)), 6, texts...)
 	opened(t, "behind the sync", d, 7, append(texts, "b")...)
 }
 
@@ -129,11 +129,11 @@ func TestAppendRefuses(t *testing.T) {
 	d := disk.New(len(run(1, "a", "b", "c")))
 	l := opened(t, "empty", d, 1)
 	put(t, l, "a")
-	before := stateOf(d)
+	before := samples.State(d)
 	for _, text := range []string{"long" + run(1, "b"), strings.Repeat("x", 100), strings.Repeat("x", api.MaxText+1)} {
 		told(t, "no room", api.ErrFull, l.Append([]byte(text)))
-		if l.Next() != 2 || stateOf(d) != before {
-			t.Errorf("%d, %s", l.Next(), stateOf(d))
+		if l.Next() != 2 || samples.State(d) != before {
+			t.Errorf("%d, %s", l.Next(), samples.State(d))
 		}
 	}
 	put(t, l, "b", "c")
@@ -143,10 +143,10 @@ func TestAppendRefuses(t *testing.T) {
 	d.Fuse(0)
 	d.Sync()
 	l = opened(t, "down", d, 4, "a", "b", "c")
-	before = stateOf(d)
+	before = samples.State(d)
 	told(t, "down", api.ErrDown, l.Append(nil), l.Append([]byte("long")), l.Append(nil))
-	if l.Next() != 4 || stateOf(d) != before {
-		t.Errorf("%d, %s", l.Next(), stateOf(d))
+	if l.Next() != 4 || samples.State(d) != before {
+		t.Errorf("%d, %s", l.Next(), samples.State(d))
 	}
 
 	name := "longname." + strings.Repeat("9", 15)
@@ -204,12 +204,12 @@ func TestSync(t *testing.T) {
 	if d.Pending() != 0 || d.Down() {
 		t.Error(d.Pending(), d.Down())
 	}
-	holds(t, "synced", after(d, none(0)), "f.1", run(1, "a"), "other", "1")
+	holds(t, "synced", samples.After(d, samples.Keeping(0)), "f.1", run(1, "a"), "other", "1")
 	l.Sync()
 	if !d.Down() {
 		t.Error("a sync of nothing doesn't count")
 	}
-	d.Crash(none(0))
+	d.Crash(samples.Keeping(0))
 	put(t, l, "b")
 	d.Fuse(0)
 	l.Sync()

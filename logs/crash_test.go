@@ -1,7 +1,6 @@
 package logs_test
 
 import (
-	"math"
 	"math/rand/v2"
 	"slices"
 	"strconv"
@@ -11,6 +10,7 @@ import (
 	"consistory/api"
 	"consistory/disk"
 	"consistory/logs"
+	"consistory/samples"
 )
 
 // session is a log, and what is known of what was put into it, whatever may crash.
@@ -126,28 +126,13 @@ func (s *session) step(r *rand.Rand) api.Errno {
 // crash lets the disk crash by any plan, and again as the log is mended.
 func (s *session) crash(r *rand.Rand) {
 	for {
-		s.d.Crash(anyPlan(r))
+		s.d.Crash(samples.AnyPlan(r))
 		s.d.Fuse(r.IntN(8))
 		if _, _, e := logs.Open(s.d, "f"); e != api.ErrDown {
 			s.d.Fuse(-1)
 			return
 		}
 	}
-}
-
-// anyPlan is a plan of any sort, with those that keep all, nothing, or tear something more often.
-func anyPlan(r *rand.Rand) api.Plan {
-	p := api.Plan{Keep: r.Uint64(), Torn: r.IntN(12) - 2, Cut: r.IntN(40)}
-	switch r.IntN(4) {
-	case 0:
-		p.Keep = 0
-	case 1:
-		p.Keep = math.MaxUint64
-	}
-	if r.IntN(3) == 0 {
-		p.Cut = r.IntN(2200)
-	}
-	return p
 }
 
 // P11.4: whatever is done, and wherever that crashes, again and again, what was synced is found, and nothing that wasn't put.
@@ -187,7 +172,7 @@ func TestFullSessions(t *testing.T) {
 					t.Fatal(e)
 				}
 			}
-			s.d.Crash(anyPlan(r))
+			s.d.Crash(samples.AnyPlan(r))
 			if _, _, e := logs.Open(s.d.Copy(), "f"); e == api.ErrFull {
 				break
 			}
@@ -249,7 +234,7 @@ func TestEachCrash(t *testing.T) {
 func eachMending(t *testing.T, s *session, p api.Plan) {
 	t.Helper()
 	what := strconv.Itoa(int(p.Keep)) + " " + strconv.Itoa(p.Torn) + " " + strconv.Itoa(p.Cut)
-	d := after(s.d, p)
+	d := samples.After(s.d, p)
 	for n := 0; ; n++ {
 		c := *s
 		c.d = d.Copy()
@@ -258,9 +243,9 @@ func eachMending(t *testing.T, s *session, p api.Plan) {
 			c.open(t, what)
 			return
 		}
-		for _, q := range []api.Plan{none(0), none(1), {Torn: 0, Cut: 1}, {Torn: 0, Cut: 13}} {
+		for _, q := range []api.Plan{samples.Keeping(0), samples.Keeping(1), {Torn: 0, Cut: 1}, {Torn: 0, Cut: 13}} {
 			c := *s
-			c.d = after(d, none(0))
+			c.d = samples.After(d, samples.Keeping(0))
 			c.d.Fuse(n)
 			logs.Open(c.d, "f")
 			c.d.Crash(q)
@@ -274,7 +259,7 @@ func TestNothingSynced(t *testing.T) {
 	for keep := range uint64(1) << 6 {
 		d := disk.New(most)
 		put(t, opened(t, "empty", d, 1), "a", "b", "c", "d", "e", "f")
-		d.Crash(none(keep))
+		d.Crash(samples.Keeping(keep))
 		first := 0
 		for first < 6 && keep>>first&1 == 0 {
 			first++
@@ -310,7 +295,7 @@ func TestTorn(t *testing.T) {
 			l = opened(t, "torn at "+strconv.Itoa(cut), d, uint64(len(want)+1), want...)
 			put(t, l, "new")
 			l.Sync()
-			opened(t, "torn at "+strconv.Itoa(cut), after(d, none(0)), uint64(len(want)+2), append(want, "new")...)
+			opened(t, "torn at "+strconv.Itoa(cut), samples.After(d, samples.Keeping(0)), uint64(len(want)+2), append(want, "new")...)
 		}
 	}
 }

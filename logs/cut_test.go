@@ -9,6 +9,7 @@ import (
 	"consistory/api"
 	"consistory/disk"
 	"consistory/logs"
+	"consistory/samples"
 )
 
 // P11.3: behind a cut there are the records that it is to keep, by the next numbers, in a new segment, synced; all older segments are gone.
@@ -123,7 +124,7 @@ func TestCutsInOrder(t *testing.T) {
 		if next := 5 + uint64(min(n, 2)); l.Next() != next {
 			t.Errorf("%d things: then %d; want %d", n, l.Next(), next)
 		}
-		if got, want := stateOf(d), stateOf(like); got != want || d.Down() != (n < all) {
+		if got, want := samples.State(d), samples.State(like); got != want || d.Down() != (n < all) {
 			t.Errorf("%d things: down: %v, %s; want %s", n, d.Down(), got, want)
 		}
 	}
@@ -135,17 +136,17 @@ func TestCutDown(t *testing.T) {
 		d := diskOf("f.1", run(1, "a"), "f.2", run(2, "b"))
 		l := opened(t, "ahead", d, 3, "a", "b")
 		d.Fuse(0)
-		before := stateOf(d)
+		before := samples.State(d)
 		told(t, "down", api.ErrDown, l.Cut(listed(keep...)), l.Cut(listed(keep...)))
-		if l.Next() != 3 || stateOf(d) != before {
-			t.Errorf("%d, %s", l.Next(), stateOf(d))
+		if l.Next() != 3 || samples.State(d) != before {
+			t.Errorf("%d, %s", l.Next(), samples.State(d))
 		}
 	}
 	d := disk.New(most)
 	l := opened(t, "empty", d, 1)
 	d.Fuse(1)
 	told(t, "it can't be synced", api.ErrDown, l.Cut(listed("k")))
-	holds(t, "it can't be synced", after(d, none(0)))
+	holds(t, "it can't be synced", samples.After(d, samples.Keeping(0)))
 }
 
 // P11.3: where there is no room for the new segment nothing is deleted, and what was put of it stays: the next record goes behind that.
@@ -191,10 +192,10 @@ func TestCutWithoutName(t *testing.T) {
 	for _, keep := range [][]string{nil, {"k"}, {"k", "l"}} {
 		d := diskOf(name, run(1, "a"))
 		l, _, _ := logs.Open(d, "longname")
-		before := stateOf(d)
+		before := samples.State(d)
 		told(t, "no such name", api.ErrArg, l.Cut(listed(keep...)))
-		if l.Next() != 2 || stateOf(d) != before {
-			t.Errorf("%d, %s", l.Next(), stateOf(d))
+		if l.Next() != 2 || samples.State(d) != before {
+			t.Errorf("%d, %s", l.Next(), samples.State(d))
 		}
 	}
 }

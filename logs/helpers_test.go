@@ -6,7 +6,6 @@ import (
 	"encoding/binary"
 	"math/rand/v2"
 	"slices"
-	"strconv"
 	"testing"
 
 	"consistory/api"
@@ -63,29 +62,7 @@ func same(l [][]byte, texts []string) bool {
 
 // diskOf is a disk that has those files synced, each name with its bytes behind it.
 func diskOf(pairs ...string) *disk.Disk {
-	d := disk.New(most)
-	for p := range slices.Chunk(pairs, 2) {
-		d.Write(p[0], []byte(p[1]))
-	}
-	d.Sync()
-	return d
-}
-
-// none is a plan that tears nothing.
-func none(keep uint64) api.Plan {
-	return api.Plan{Keep: keep, Torn: -1}
-}
-
-// after is d as a crash by that plan leaves it; d itself doesn't crash.
-func after(d *disk.Disk, p api.Plan) *disk.Disk {
-	c := d.Copy()
-	c.Crash(p)
-	return c
-}
-
-// stateOf tells what is read of d, what was synced, and how much is pending.
-func stateOf(d *disk.Disk) string {
-	return samples.Files(d) + "/ " + samples.Files(after(d, none(0))) + "/ " + strconv.Itoa(d.Pending())
+	return samples.Filled(disk.New(most), pairs...)
 }
 
 // holds checks that the files of d are those, each name with its bytes behind it.

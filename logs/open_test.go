@@ -9,6 +9,7 @@ import (
 	"consistory/api"
 	"consistory/disk"
 	"consistory/logs"
+	"consistory/samples"
 )
 
 // P11.1: a disk without a log has one with nothing in it, and isn't changed.
@@ -29,11 +30,11 @@ func TestOpenRefuses(t *testing.T) {
 		refused(t, "no disk", nil, prefix, api.ErrNil)
 	}
 	d := diskOf("f.1", "wrong", "a1.1", "wrong", "A.1", "wrong", ".1", "wrong", "abcdefghi.1", "wrong")
-	before := stateOf(d)
+	before := samples.State(d)
 	for _, prefix := range wrong {
 		refused(t, strconv.Quote(prefix), d, prefix, api.ErrArg)
 	}
-	if got := stateOf(d); got != before {
+	if got := samples.State(d); got != before {
 		t.Errorf("it is changed: %s", got)
 	}
 }
@@ -102,16 +103,16 @@ func TestNothingDone(t *testing.T) {
 	d := diskOf("f.1", run(1, "a"))
 	told(t, "pending", api.OK, d.Append("f.1", []byte(run(2, "b"))), d.Write("f.2", []byte(run(3, "c"))))
 	d.Fuse(0)
-	before := stateOf(d)
+	before := samples.State(d)
 	for range 2 {
 		opened(t, "pending", d, 4, "a", "b", "c")
-		if stateOf(d) != before || d.Down() {
+		if samples.State(d) != before || d.Down() {
 			t.Error("it is changed, or down")
 		}
 	}
 	told(t, "the fuse", api.ErrDown, d.Append("x", nil))
 	opened(t, "down", d, 4, "a", "b", "c")
-	if stateOf(d) != before {
+	if samples.State(d) != before {
 		t.Error("it is changed as it is down")
 	}
 }
@@ -297,7 +298,7 @@ func TestMendsInOrder(t *testing.T) {
 		} else {
 			opened(t, "the fuse is long enough", d, 3, "a", "b")
 		}
-		if got, want := stateOf(d), stateOf(like); got != want || d.Down() != (n < all) {
+		if got, want := samples.State(d), samples.State(like); got != want || d.Down() != (n < all) {
 			t.Errorf("%d things: down: %v, %s; want %s", n, d.Down(), got, want)
 		}
 	}
@@ -308,9 +309,9 @@ func TestMendsNothingDown(t *testing.T) {
 	d := diskOf(spoilt()...)
 	d.Fuse(0)
 	d.Sync()
-	before := stateOf(d)
+	before := samples.State(d)
 	refused(t, "down", d, "f", api.ErrDown)
-	if got := stateOf(d); got != before {
+	if got := samples.State(d); got != before {
 		t.Errorf("it is changed: %s", got)
 	}
 }
@@ -321,14 +322,14 @@ func TestMendsNothingFull(t *testing.T) {
 	for _, more := range []int{0, 1, len(good) - 1, len(good), len(good) + 1} {
 		d := disk.New(len(good) + len(wrong) + more)
 		told(t, "ahead", api.OK, d.Write("f.1", []byte(good+wrong)))
-		before := stateOf(d)
+		before := samples.State(d)
 		if more >= len(good) {
 			opened(t, "room", d, 2, "text")
 			holds(t, "room", d, "f.1", good)
 			continue
 		}
 		refused(t, "no room", d, "f", api.ErrFull)
-		if got := stateOf(d); got != before {
+		if got := samples.State(d); got != before {
 			t.Errorf("%d bytes more: it is changed: %s", more, got)
 		}
 	}

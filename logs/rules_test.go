@@ -32,7 +32,7 @@ func TestNilIsNothing(t *testing.T) {
 	k, l := opened(t, "nil", c, 1), opened(t, "nothing", d, 1)
 	told(t, "nil", api.OK, k.Append(nil), k.Cut([][]byte{nil, {}}), k.Append(nil), k.Cut(nil))
 	told(t, "nothing", api.OK, l.Append([]byte{}), l.Cut([][]byte{{}, nil}), l.Append([]byte{}), l.Cut([][]byte{}))
-	if a, b := stateOf(c), stateOf(d); a != b || k.Next() != l.Next() {
+	if a, b := samples.State(c), samples.State(d); a != b || k.Next() != l.Next() {
 		t.Errorf("%s, then %d; want %s, then %d", a, k.Next(), b, l.Next())
 	}
 }
@@ -54,7 +54,7 @@ func TestTextsStay(t *testing.T) {
 	clear(view[:cap(view)])
 	put(t, l, "behind")
 	put(t, m, "behind")
-	if a, b := stateOf(d), stateOf(like); a != b {
+	if a, b := samples.State(d), samples.State(like); a != b {
 		t.Errorf("%s with the texts; want %s", a, b)
 	}
 	full := disk.New(12)
@@ -114,9 +114,9 @@ func TestSameAgain(t *testing.T) {
 				for range 60 {
 					s.step(r)
 				}
-				s.d.Crash(anyPlan(r))
+				s.d.Crash(samples.AnyPlan(r))
 				s.open(t, "beside others")
-				states[i] += stateOf(s.d) + strconv.FormatUint(s.l.Next(), 10)
+				states[i] += samples.State(s.d) + strconv.FormatUint(s.l.Next(), 10)
 			}
 		})
 	}
@@ -179,9 +179,9 @@ func TestNeverPanics(t *testing.T) {
 // again checks that a log that was just opened is opened as it was, and that nothing more is mended.
 func again(t *testing.T, d *disk.Disk, l *logs.Log, found [][]byte) {
 	t.Helper()
-	before := stateOf(d)
+	before := samples.State(d)
 	m, texts, e := logs.Open(d, "f")
-	if e != api.OK || m.Next() != l.Next() || !slices.EqualFunc(texts, found, slices.Equal) || stateOf(d) != before {
+	if e != api.OK || m.Next() != l.Next() || !slices.EqualFunc(texts, found, slices.Equal) || samples.State(d) != before {
 		t.Fatalf("%v: what was mended isn't right", e)
 	}
 }

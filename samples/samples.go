@@ -5,8 +5,6 @@ import (
 	"bytes"
 	"math"
 	"slices"
-	"strconv"
-	"strings"
 
 	"consistory/api"
 )
@@ -24,26 +22,6 @@ const (
 // Source gives numbers; whether they come by chance is the caller's.
 type Source interface {
 	Uint64() uint64
-}
-
-// Disk is what files are read of.
-type Disk interface {
-	Names() []string
-	Read(name string) ([]byte, api.Errno)
-}
-
-// Files tells all that is read of d, from its first file to its last.
-func Files(d Disk) string {
-	var s strings.Builder
-	for _, name := range d.Names() {
-		b, e := d.Read(name)
-		s.WriteString(strconv.Quote(name) + ":" + strconv.Quote(string(b)))
-		if e != api.OK {
-			s.WriteString("!" + strconv.Itoa(int(e)))
-		}
-		s.WriteString(" ")
-	}
-	return s.String()
 }
 
 // Text is n bytes of the source's.

@@ -3,7 +3,6 @@ package samples_test
 import (
 	"bytes"
 	"encoding/binary"
-	"maps"
 	"math/rand/v2"
 	"slices"
 	"testing"
@@ -50,34 +49,6 @@ func TestLengthAnd(t *testing.T) {
 		if got := samples.LengthAnd(b); !bytes.Equal(got, want) || !bytes.Equal(b, before) {
 			t.Errorf("%d bytes begin with % x", n, got[:min(len(got), 5)])
 		}
-	}
-}
-
-// shelf is files of which the one named lost can't be read.
-type shelf map[string]string
-
-func (s shelf) Names() []string {
-	return slices.Sorted(maps.Keys(s))
-}
-
-func (s shelf) Read(name string) ([]byte, api.Errno) {
-	if name == "lost" {
-		return nil, api.ErrNone
-	}
-	return []byte(s[name]), api.OK
-}
-
-// All names and bytes are told, with errors, so that no two sorts of files are told alike.
-func TestFiles(t *testing.T) {
-	if got := samples.Files(shelf{"b": "\x00", "a": "", "lost": ""}); got != `"a":"" "b":"\x00" "lost":""!13 ` {
-		t.Error(got)
-	}
-	seen := map[string]int{}
-	for i, s := range []shelf{{}, {"": ""}, {"a": ""}, {"a": "b"}, {"a": "b", "c": "d"}, {"a": "bc", "d": ""}, {"a": `b" "c":"d`}, {"a": "", "lost": ""}, {"a": "", "loss": ""}} {
-		if j, there := seen[samples.Files(s)]; there {
-			t.Errorf("files %d are told as files %d", i, j)
-		}
-		seen[samples.Files(s)] = i
 	}
 }
 
