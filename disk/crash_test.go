@@ -53,7 +53,7 @@ func TestCrashKeep(t *testing.T) {
 			t.Fatal(d.Pending())
 		}
 		d.Crash(samples.Keeping(c.keep))
-		holds(t, strconv.FormatUint(c.keep, 2), d, c.files...)
+		samples.Holds(t, strconv.FormatUint(c.keep, 2), d, c.files...)
 		if d.Pending() != 0 {
 			t.Error(d.Pending())
 		}
@@ -93,7 +93,7 @@ func TestCrashTorn(t *testing.T) {
 	} {
 		d := sixPending()
 		d.Crash(c.p)
-		holds(t, strconv.Itoa(c.p.Torn)+" cut to "+strconv.Itoa(c.p.Cut), d, c.files...)
+		samples.Holds(t, strconv.Itoa(c.p.Torn)+" cut to "+strconv.Itoa(c.p.Cut), d, c.files...)
 	}
 }
 
@@ -105,7 +105,7 @@ func TestCrashOfMany(t *testing.T) {
 		var want strings.Builder
 		for i := range things {
 			pair := string([]byte{byte(i), 'x'})
-			told(t, "append", api.OK, d.Append("a", []byte(pair)))
+			samples.Told(t, "append", api.OK, d.Append("a", []byte(pair)))
 			switch {
 			case i == p.Torn:
 				want.WriteString(pair[:p.Cut])
@@ -118,10 +118,10 @@ func TestCrashOfMany(t *testing.T) {
 		}
 		d.Crash(p)
 		if p.Keep == 0 && p.Torn < 0 {
-			holds(t, "nothing stays", d)
+			samples.Holds(t, "nothing stays", d)
 			continue
 		}
-		holds(t, "many", d, "a", want.String())
+		samples.Holds(t, "many", d, "a", want.String())
 	}
 }
 
@@ -143,30 +143,30 @@ func TestCrashRename(t *testing.T) {
 	}{{0, []string{"a", "1", "b", "2"}}, {1, []string{"a", "1", "b", "2"}}, {2, []string{"b", "1"}}, {4, []string{"a", "2"}}, {6, []string{"a", "1"}}, {7, []string{"a", "1"}}} {
 		d := build()
 		d.Crash(samples.Keeping(c.keep))
-		holds(t, strconv.FormatUint(c.keep, 2), d, c.files...)
+		samples.Holds(t, strconv.FormatUint(c.keep, 2), d, c.files...)
 	}
 	d := disk.New(100)
-	told(t, "ahead", api.OK, d.Write("b", []byte("2")))
+	samples.Told(t, "ahead", api.OK, d.Write("b", []byte("2")))
 	d.Sync()
-	told(t, "pending", api.OK, d.Write("a", []byte("1")), d.Rename("a", "b"))
+	samples.Told(t, "pending", api.OK, d.Write("a", []byte("1")), d.Rename("a", "b"))
 	d.Crash(samples.Keeping(2))
-	holds(t, "what never was there", d, "b", "2")
+	samples.Holds(t, "what never was there", d, "b", "2")
 }
 
 // P10.3: what was synced is never lost, whatever crashes.
 func TestSyncedStays(t *testing.T) {
 	d := disk.New(100)
-	told(t, "ahead", api.OK, d.Append("a", []byte("1")), d.Write("b", []byte("2")), d.Rename("b", "c"), d.Append("x", nil), d.Delete("x"))
+	samples.Told(t, "ahead", api.OK, d.Append("a", []byte("1")), d.Write("b", []byte("2")), d.Rename("b", "c"), d.Append("x", nil), d.Delete("x"))
 	d.Sync()
 	if d.Pending() != 0 {
 		t.Error(d.Pending())
 	}
 	for _, p := range []api.Plan{samples.Keeping(0), {}, samples.Keeping(math.MaxUint64), {Torn: 0, Cut: 0}, {Torn: 1, Cut: -1, Keep: 1}} {
 		d.Crash(p)
-		holds(t, "nothing was pending", d, "a", "1", "c", "2")
-		told(t, "pending", api.OK, d.Append("a", []byte("more")), d.Delete("a"), d.Rename("c", "a"), d.Write("c", nil))
+		samples.Holds(t, "nothing was pending", d, "a", "1", "c", "2")
+		samples.Told(t, "pending", api.OK, d.Append("a", []byte("more")), d.Delete("a"), d.Rename("c", "a"), d.Write("c", nil))
 		d.Crash(samples.Keeping(0))
-		holds(t, "pending", d, "a", "1", "c", "2")
+		samples.Holds(t, "pending", d, "a", "1", "c", "2")
 	}
 }
 
@@ -175,8 +175,8 @@ func TestCrashLeavesForGood(t *testing.T) {
 	d := sixPending()
 	d.Crash(api.Plan{Torn: 3, Cut: 2, Keep: 1 << 0})
 	for range 3 {
-		holds(t, "again", d, "a", "onetwo", "c", "ce")
-		told(t, "pending", api.OK, d.Delete("a"))
+		samples.Holds(t, "again", d, "a", "onetwo", "c", "ce")
+		samples.Told(t, "pending", api.OK, d.Delete("a"))
 		d.Crash(api.Plan{Torn: 0, Cut: 9})
 	}
 }
@@ -185,24 +185,24 @@ func TestCrashLeavesForGood(t *testing.T) {
 func TestSyncBeginsAnew(t *testing.T) {
 	d := disk.New(100)
 	for range 70 {
-		told(t, "append", api.OK, d.Append("a", []byte("1")))
+		samples.Told(t, "append", api.OK, d.Append("a", []byte("1")))
 	}
 	d.Sync()
 	d.Sync()
-	told(t, "behind", api.OK, d.Append("b", []byte("1")), d.Append("b", []byte("2")), d.Append("b", []byte("3")))
+	samples.Told(t, "behind", api.OK, d.Append("b", []byte("1")), d.Append("b", []byte("2")), d.Append("b", []byte("3")))
 	if d.Pending() != 3 {
 		t.Error(d.Pending())
 	}
 	d.Crash(samples.Keeping(1 << 1))
-	holds(t, "behind", d, "a", strings.Repeat("1", 70), "b", "2")
+	samples.Holds(t, "behind", d, "a", strings.Repeat("1", 70), "b", "2")
 }
 
 // The chapter's example.
 func TestExample(t *testing.T) {
 	d := disk.New(10)
-	told(t, "example", api.OK, d.Append("f", []byte{1}))
+	samples.Told(t, "example", api.OK, d.Append("f", []byte{1}))
 	d.Sync()
-	told(t, "example", api.OK, d.Append("f", []byte{2}))
+	samples.Told(t, "example", api.OK, d.Append("f", []byte{2}))
 	d.Crash(api.Plan{Keep: 0, Torn: -1})
-	holds(t, "example", d, "f", "\x01")
+	samples.Holds(t, "example", d, "f", "\x01")
 }

@@ -14,7 +14,7 @@ import (
 // P10.1: a new disk has nothing.
 func TestNew(t *testing.T) {
 	d := disk.New(10)
-	holds(t, "new", d)
+	samples.Holds(t, "new", d)
 	if d.Pending() != 0 || d.Down() {
 		t.Error(d.Pending(), d.Down())
 	}
@@ -23,8 +23,8 @@ func TestNew(t *testing.T) {
 // P10.1: what is appended stands behind what the file has; a file that isn't there is made, even of nothing.
 func TestAppend(t *testing.T) {
 	d := disk.New(100)
-	told(t, "append", api.OK, d.Append("b", []byte("one")), d.Append("a", nil), d.Append("b", []byte{}), d.Append("b", []byte("two\x00")))
-	holds(t, "append", d, "a", "", "b", "onetwo\x00")
+	samples.Told(t, "append", api.OK, d.Append("b", []byte("one")), d.Append("a", nil), d.Append("b", []byte{}), d.Append("b", []byte("two\x00")))
+	samples.Holds(t, "append", d, "a", "", "b", "onetwo\x00")
 	if d.Pending() != 4 {
 		t.Error(d.Pending())
 	}
@@ -33,10 +33,10 @@ func TestAppend(t *testing.T) {
 // P10.1: what is written stands in the place of what the file has; a file that isn't there is made, even of nothing.
 func TestWrite(t *testing.T) {
 	d := disk.New(100)
-	told(t, "write", api.OK, d.Write("b", []byte("one")), d.Write("a", nil), d.Write("c", []byte("three")), d.Write("b", []byte("four")), d.Write("c", []byte{}))
-	holds(t, "write", d, "a", "", "b", "four", "c", "")
-	told(t, "append", api.OK, d.Append("b", []byte("five")), d.Append("c", []byte("six")))
-	holds(t, "append", d, "a", "", "b", "fourfive", "c", "six")
+	samples.Told(t, "write", api.OK, d.Write("b", []byte("one")), d.Write("a", nil), d.Write("c", []byte("three")), d.Write("b", []byte("four")), d.Write("c", []byte{}))
+	samples.Holds(t, "write", d, "a", "", "b", "four", "c", "")
+	samples.Told(t, "append", api.OK, d.Append("b", []byte("five")), d.Append("c", []byte("six")))
+	samples.Holds(t, "append", d, "a", "", "b", "fourfive", "c", "six")
 	if d.Pending() != 7 {
 		t.Error(d.Pending())
 	}
@@ -45,28 +45,28 @@ func TestWrite(t *testing.T) {
 // P10.1: a file that is renamed has its bytes, and takes the place of a file that had the name; by its own name it stays.
 func TestRename(t *testing.T) {
 	d := disk.New(100)
-	told(t, "write", api.OK, d.Write("a", []byte("1")), d.Write("b", []byte("22")), d.Write("c", nil))
-	told(t, "rename", api.OK, d.Rename("a", "d"))
-	holds(t, "to another name", d, "b", "22", "c", "", "d", "1")
-	told(t, "rename", api.OK, d.Rename("d", "b"))
-	holds(t, "to a file's name", d, "b", "1", "c", "")
-	told(t, "rename", api.OK, d.Rename("b", "b"), d.Rename("c", "b"))
-	holds(t, "to its own name", d, "b", "")
+	samples.Told(t, "write", api.OK, d.Write("a", []byte("1")), d.Write("b", []byte("22")), d.Write("c", nil))
+	samples.Told(t, "rename", api.OK, d.Rename("a", "d"))
+	samples.Holds(t, "to another name", d, "b", "22", "c", "", "d", "1")
+	samples.Told(t, "rename", api.OK, d.Rename("d", "b"))
+	samples.Holds(t, "to a file's name", d, "b", "1", "c", "")
+	samples.Told(t, "rename", api.OK, d.Rename("b", "b"), d.Rename("c", "b"))
+	samples.Holds(t, "to its own name", d, "b", "")
 	if d.Pending() != 7 {
 		t.Error(d.Pending())
 	}
-	told(t, "append", api.OK, d.Append("b", []byte("3")), d.Rename("b", "e"), d.Append("b", []byte("4")), d.Append("e", []byte("5")))
-	holds(t, "and the old name anew", d, "b", "4", "e", "35")
+	samples.Told(t, "append", api.OK, d.Append("b", []byte("3")), d.Rename("b", "e"), d.Append("b", []byte("4")), d.Append("e", []byte("5")))
+	samples.Holds(t, "and the old name anew", d, "b", "4", "e", "35")
 }
 
 // P10.1: a file that is deleted is gone, and is made anew with nothing.
 func TestDelete(t *testing.T) {
 	d := disk.New(100)
-	told(t, "write", api.OK, d.Write("a", []byte("1")), d.Write("b", nil), d.Write("c", []byte("3")))
-	told(t, "delete", api.OK, d.Delete("a"), d.Delete("b"))
-	holds(t, "delete", d, "c", "3")
-	told(t, "append", api.OK, d.Append("a", []byte("4")))
-	holds(t, "anew", d, "a", "4", "c", "3")
+	samples.Told(t, "write", api.OK, d.Write("a", []byte("1")), d.Write("b", nil), d.Write("c", []byte("3")))
+	samples.Told(t, "delete", api.OK, d.Delete("a"), d.Delete("b"))
+	samples.Holds(t, "delete", d, "c", "3")
+	samples.Told(t, "append", api.OK, d.Append("a", []byte("4")))
+	samples.Holds(t, "anew", d, "a", "4", "c", "3")
 	if d.Pending() != 6 {
 		t.Error(d.Pending())
 	}
@@ -77,8 +77,8 @@ func TestRightNames(t *testing.T) {
 	d := disk.New(1000)
 	var want []string
 	for i, name := range rightNames() {
-		told(t, name, api.OK, d.Append(name, []byte{byte(i)}), d.Rename(name, "x"), d.Write("x", []byte{byte(i), 7}), d.Rename("x", name))
-		told(t, name, api.OK, d.Write("y", nil), d.Delete("y"))
+		samples.Told(t, name, api.OK, d.Append(name, []byte{byte(i)}), d.Rename(name, "x"), d.Write("x", []byte{byte(i), 7}), d.Rename("x", name))
+		samples.Told(t, name, api.OK, d.Write("y", nil), d.Delete("y"))
 		want = append(want, name)
 	}
 	slices.Sort(want)
@@ -89,15 +89,15 @@ func TestRightNames(t *testing.T) {
 		if b, e := d.Read(name); e != api.OK || string(b) != string([]byte{byte(i), 7}) {
 			t.Errorf("%q: %v, %v", name, b, e)
 		}
-		told(t, name, api.OK, d.Delete(name))
+		samples.Told(t, name, api.OK, d.Delete(name))
 	}
-	holds(t, "all deleted", d)
+	samples.Holds(t, "all deleted", d)
 }
 
 // P10.1: a name of no bytes, or of more than 24, is none: ErrArg, ahead of ErrFull and ErrNone.
 func TestWrongNames(t *testing.T) {
 	d := disk.New(3)
-	told(t, "append", api.OK, d.Append("a", []byte("123")))
+	samples.Told(t, "append", api.OK, d.Append("a", []byte("123")))
 	for _, name := range wrongNames() {
 		refused(t, name, d, api.ErrArg,
 			func() api.Errno { return d.Append(name, nil) },
@@ -119,7 +119,7 @@ func TestWrongNames(t *testing.T) {
 // P10.1, P10.2: of a file that isn't there, or isn't any more, nothing can be read, and it can't be renamed or deleted.
 func TestNoFile(t *testing.T) {
 	d := disk.New(10)
-	told(t, "ahead", api.OK, d.Write("a", nil), d.Write("b", []byte("2")), d.Rename("a", "c"), d.Delete("b"))
+	samples.Told(t, "ahead", api.OK, d.Write("a", nil), d.Write("b", []byte("2")), d.Rename("a", "c"), d.Delete("b"))
 	for _, name := range []string{"a", "b", "A", "cc", "c\x00", strings.Repeat("n", longest)} {
 		refused(t, name, d, api.ErrNone,
 			func() api.Errno { return d.Delete(name) },
@@ -132,13 +132,13 @@ func TestNoFile(t *testing.T) {
 			t.Errorf("%q: %v", name, b)
 		}
 	}
-	holds(t, "what is there", d, "c", "")
+	samples.Holds(t, "what is there", d, "c", "")
 }
 
 // P10.1: all files' bytes together may be as many as there is room, and no more; what is written over counts no more.
 func TestRoom(t *testing.T) {
 	d := disk.New(10)
-	told(t, "just room", api.OK, d.Append("a", make([]byte, 3)), d.Write("b", make([]byte, 3)), d.Append("b", make([]byte, 4)), d.Append("c", nil), d.Write("e", nil), d.Append("a", nil))
+	samples.Told(t, "just room", api.OK, d.Append("a", make([]byte, 3)), d.Write("b", make([]byte, 3)), d.Append("b", make([]byte, 4)), d.Append("c", nil), d.Write("e", nil), d.Append("a", nil))
 	refused(t, "a byte too many", d, api.ErrFull,
 		func() api.Errno { return d.Append("a", []byte{1}) },
 		func() api.Errno { return d.Append("new", []byte{1}) },
@@ -148,34 +148,34 @@ func TestRoom(t *testing.T) {
 		func() api.Errno { return d.Write("new", []byte{1}) },
 		func() api.Errno { return d.Write("b", make([]byte, api.MaxDisk+1)) },
 	)
-	told(t, "over its own", api.OK, d.Write("b", make([]byte, 7)), d.Write("b", make([]byte, 6)), d.Append("c", []byte{1}))
+	samples.Told(t, "over its own", api.OK, d.Write("b", make([]byte, 7)), d.Write("b", make([]byte, 6)), d.Append("c", []byte{1}))
 	refused(t, "full again", d, api.ErrFull, func() api.Errno { return d.Append("c", []byte{1}) })
-	told(t, "one less by deleting", api.OK, d.Delete("c"), d.Append("b", []byte{1}))
-	told(t, "less by renaming over", api.OK, d.Rename("a", "b"), d.Write("c", make([]byte, 7)))
+	samples.Told(t, "one less by deleting", api.OK, d.Delete("c"), d.Append("b", []byte{1}))
+	samples.Told(t, "less by renaming over", api.OK, d.Rename("a", "b"), d.Write("c", make([]byte, 7)))
 	refused(t, "full anew", d, api.ErrFull, func() api.Errno { return d.Append("b", []byte{1}) })
-	holds(t, "room", d, "b", "\x00\x00\x00", "c", "\x00\x00\x00\x00\x00\x00\x00", "e", "")
+	samples.Holds(t, "room", d, "b", "\x00\x00\x00", "c", "\x00\x00\x00\x00\x00\x00\x00", "e", "")
 }
 
 // P10.1: what is pending, or was synced, takes no room beside what is read.
 func TestRoomIsForWhatIsRead(t *testing.T) {
 	d := disk.New(4)
 	for i := range 20 {
-		told(t, "again", api.OK, d.Write("a", []byte{1, 2, 3, byte(i)}), d.Delete("a"), d.Append("b", []byte{4, 3, 2, byte(i)}))
+		samples.Told(t, "again", api.OK, d.Write("a", []byte{1, 2, 3, byte(i)}), d.Delete("a"), d.Append("b", []byte{4, 3, 2, byte(i)}))
 		if i%3 == 0 {
 			d.Sync()
 		}
-		told(t, "again", api.OK, d.Rename("b", "c"), d.Delete("c"))
+		samples.Told(t, "again", api.OK, d.Rename("b", "c"), d.Delete("c"))
 	}
-	holds(t, "nothing", d)
+	samples.Holds(t, "nothing", d)
 }
 
 // P10.1: the room is held within 0 and MaxDisk.
 func TestRoomBounds(t *testing.T) {
 	for _, c := range []struct{ room, want int }{{math.MinInt, 0}, {-1, 0}, {0, 0}, {1, 1}, {most - 1, most - 1}, {most, most}, {most + 1, most}, {1 << 32, most}, {math.MaxInt, most}} {
 		d := disk.New(c.room)
-		told(t, "just room", api.OK, d.Write("a", make([]byte, c.want)))
-		told(t, "a byte too many", api.ErrFull, d.Append("a", []byte{1}), d.Append("b", []byte{1}), d.Write("a", make([]byte, c.want+1)))
-		told(t, "nothing more", api.OK, d.Append("a", nil), d.Append("b", nil))
+		samples.Told(t, "just room", api.OK, d.Write("a", make([]byte, c.want)))
+		samples.Told(t, "a byte too many", api.ErrFull, d.Append("a", []byte{1}), d.Append("b", []byte{1}), d.Write("a", make([]byte, c.want+1)))
+		samples.Told(t, "nothing more", api.OK, d.Append("a", nil), d.Append("b", nil))
 		if b, e := d.Read("a"); e != api.OK || len(b) != c.want || d.Pending() != 3 {
 			t.Errorf("%d: %d bytes, %v, %d pending", c.room, len(b), e, d.Pending())
 		}
@@ -185,19 +185,19 @@ func TestRoomBounds(t *testing.T) {
 // P10.1: where a crash leaves more than there is room, it stays, and nothing is put till there is room again.
 func TestMoreThanRoom(t *testing.T) {
 	d := disk.New(5)
-	told(t, "ahead", api.OK, d.Write("a", []byte("12345")))
+	samples.Told(t, "ahead", api.OK, d.Write("a", []byte("12345")))
 	d.Sync()
-	told(t, "pending", api.OK, d.Delete("a"), d.Write("b", []byte("6789")))
+	samples.Told(t, "pending", api.OK, d.Delete("a"), d.Write("b", []byte("6789")))
 	d.Crash(samples.Keeping(2))
-	holds(t, "crash", d, "a", "12345", "b", "6789")
+	samples.Holds(t, "crash", d, "a", "12345", "b", "6789")
 	refused(t, "no room", d, api.ErrFull,
 		func() api.Errno { return d.Append("a", nil) },
 		func() api.Errno { return d.Append("c", nil) },
 		func() api.Errno { return d.Write("a", []byte("12")) },
 		func() api.Errno { return d.Write("b", []byte("1")) },
 	)
-	told(t, "less", api.OK, d.Write("a", []byte("1")), d.Rename("a", "b"), d.Append("b", []byte("2345")))
-	holds(t, "room again", d, "b", "12345")
+	samples.Told(t, "less", api.OK, d.Write("a", []byte("1")), d.Rename("a", "b"), d.Append("b", []byte("2345")))
+	samples.Holds(t, "room again", d, "b", "12345")
 }
 
 // P10.2: names are told in the order of their bytes, whatever the order in which they came.
@@ -212,7 +212,7 @@ func TestNames(t *testing.T) {
 				b[i] &= 0x83
 			}
 			name := string(b)
-			told(t, "append", api.OK, d.Append(name, b))
+			samples.Told(t, "append", api.OK, d.Append(name, b))
 			if !slices.Contains(want, name) {
 				want = append(want, name)
 			}
@@ -231,7 +231,7 @@ func TestReadMany(t *testing.T) {
 	b := samples.Text(r, most)
 	for at := 0; at < most; {
 		n := min(1+r.IntN(1<<14), most-at)
-		told(t, "append", api.OK, d.Append("a", b[at:at+n]))
+		samples.Told(t, "append", api.OK, d.Append("a", b[at:at+n]))
 		at += n
 		if r.IntN(5) == 0 {
 			d.Sync()
@@ -241,5 +241,5 @@ func TestReadMany(t *testing.T) {
 	if e != api.OK || !slices.Equal(got, b) {
 		t.Errorf("%d bytes, %v", len(got), e)
 	}
-	told(t, "full", api.ErrFull, d.Append("a", []byte{1}), d.Append("b", []byte{1}))
+	samples.Told(t, "full", api.ErrFull, d.Append("a", []byte{1}), d.Append("b", []byte{1}))
 }

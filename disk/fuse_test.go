@@ -24,12 +24,12 @@ func things(d *disk.Disk) []func() api.Errno {
 func TestFuseCounts(t *testing.T) {
 	for n := range 6 {
 		d, like := disk.New(100), disk.New(100)
-		told(t, "ahead", api.OK, d.Append("a", []byte("1")), like.Append("a", []byte("1")))
+		samples.Told(t, "ahead", api.OK, d.Append("a", []byte("1")), like.Append("a", []byte("1")))
 		d.Fuse(n)
 		do, doLike := things(d), things(like)
 		for i := range n {
 			if i < len(do) {
-				told(t, "within the fuse", doLike[i](), do[i]())
+				samples.Told(t, "within the fuse", doLike[i](), do[i]())
 			}
 		}
 		if d.Down() || samples.Files(d) != samples.Files(like) || d.Pending() != like.Pending() {
@@ -38,7 +38,7 @@ func TestFuseCounts(t *testing.T) {
 		if n == 3 {
 			d.Sync()
 		} else {
-			told(t, "beyond the fuse", api.ErrDown, d.Append("a", []byte("4")))
+			samples.Told(t, "beyond the fuse", api.ErrDown, d.Append("a", []byte("4")))
 		}
 		if !d.Down() || samples.Files(d) != samples.Files(like) || d.Pending() != like.Pending() {
 			t.Errorf("%d: beyond: %v %s %d; want %s %d", n, d.Down(), samples.Files(d), d.Pending(), samples.Files(like), like.Pending())
@@ -50,7 +50,7 @@ func TestFuseCounts(t *testing.T) {
 func TestFuseBlowsByEach(t *testing.T) {
 	for i := range things(nil) {
 		d := disk.New(100)
-		told(t, "ahead", api.OK, d.Append("a", []byte("1")), d.Append("b", []byte("1")), d.Append("c", []byte("1")))
+		samples.Told(t, "ahead", api.OK, d.Append("a", []byte("1")), d.Append("b", []byte("1")), d.Append("c", []byte("1")))
 		before := samples.Files(d)
 		d.Fuse(0)
 		if d.Down() {
@@ -60,19 +60,19 @@ func TestFuseBlowsByEach(t *testing.T) {
 		if i == 3 {
 			want = api.OK
 		}
-		told(t, "beyond the fuse", want, things(d)[i]())
+		samples.Told(t, "beyond the fuse", want, things(d)[i]())
 		if !d.Down() || samples.Files(d) != before || d.Pending() != 3 {
 			t.Errorf("%d: %v %s %d", i, d.Down(), samples.Files(d), d.Pending())
 		}
 		d.Crash(samples.Keeping(0))
-		holds(t, "nothing was synced", d)
+		samples.Holds(t, "nothing was synced", d)
 	}
 }
 
 // P10.2: a fuse doesn't count what is refused, nor what only asks; and that doesn't take the disk down.
 func TestFuseCountsNothingElse(t *testing.T) {
 	d := disk.New(3)
-	told(t, "ahead", api.OK, d.Append("a", []byte("1")))
+	samples.Told(t, "ahead", api.OK, d.Append("a", []byte("1")))
 	others := []func() api.Errno{
 		func() api.Errno { return d.Append("", nil) },
 		func() api.Errno { return d.Append("a", []byte("234")) },
@@ -101,10 +101,10 @@ func TestFuseCountsNothingElse(t *testing.T) {
 			}
 		}
 		if left > 0 {
-			told(t, "counted", api.OK, d.Append("a", nil))
+			samples.Told(t, "counted", api.OK, d.Append("a", nil))
 		}
 	}
-	told(t, "counted", api.ErrDown, d.Append("a", nil))
+	samples.Told(t, "counted", api.ErrDown, d.Append("a", nil))
 	if !d.Down() {
 		t.Error("it isn't down")
 	}
@@ -113,11 +113,11 @@ func TestFuseCountsNothingElse(t *testing.T) {
 // P10.2: a disk that is down does nothing till a crash, and tells ErrDown ahead of other errors; what is there can be read.
 func TestDown(t *testing.T) {
 	d := disk.New(3)
-	told(t, "ahead", api.OK, d.Append("b", []byte("2")))
+	samples.Told(t, "ahead", api.OK, d.Append("b", []byte("2")))
 	d.Sync()
-	told(t, "ahead", api.OK, d.Append("a", []byte("1")))
+	samples.Told(t, "ahead", api.OK, d.Append("a", []byte("1")))
 	d.Fuse(0)
-	told(t, "beyond the fuse", api.ErrDown, d.Delete("b"))
+	samples.Told(t, "beyond the fuse", api.ErrDown, d.Delete("b"))
 	refused(t, "down", d, api.ErrDown,
 		func() api.Errno { return d.Append("a", nil) },
 		func() api.Errno { return d.Append("a", []byte("2345")) },
@@ -135,12 +135,12 @@ func TestDown(t *testing.T) {
 		func() api.Errno { d.Fuse(5); return api.ErrDown },
 		func() api.Errno { d.Fuse(-1); return api.ErrDown },
 	)
-	holds(t, "down", d, "a", "1", "b", "2")
+	samples.Holds(t, "down", d, "a", "1", "b", "2")
 	if _, e := d.Read("x"); e != api.ErrNone || d.Pending() != 1 {
 		t.Error(e, d.Pending())
 	}
 	d.Crash(samples.Keeping(0))
-	holds(t, "what was synced alone", d, "b", "2")
+	samples.Holds(t, "what was synced alone", d, "b", "2")
 }
 
 // P10.2: behind a crash the disk runs, and has no fuse: neither the one that blew nor one that was left.
@@ -157,9 +157,9 @@ func TestCrashTakesFuse(t *testing.T) {
 		if d.Down() || d.Pending() != 0 {
 			t.Error(n, d.Down(), d.Pending())
 		}
-		holds(t, "what was done", d, [][]string{nil, {"a", "1"}, {"a", "12"}}[min(n, 2)]...)
+		samples.Holds(t, "what was done", d, [][]string{nil, {"a", "1"}, {"a", "12"}}[min(n, 2)]...)
 		for range 20 {
-			told(t, "no fuse", api.OK, d.Append("b", []byte("3")))
+			samples.Told(t, "no fuse", api.OK, d.Append("b", []byte("3")))
 			d.Sync()
 		}
 	}
@@ -172,27 +172,27 @@ func TestFuseAnew(t *testing.T) {
 		d.Fuse(0)
 		d.Fuse(n)
 		for range 20 {
-			told(t, "no fuse", api.OK, d.Append("b", []byte("3")))
+			samples.Told(t, "no fuse", api.OK, d.Append("b", []byte("3")))
 		}
 	}
 	d := disk.New(1000)
 	d.Fuse(0)
 	d.Fuse(math.MaxInt)
 	for range 20 {
-		told(t, "a long fuse", api.OK, d.Append("b", []byte("3")))
+		samples.Told(t, "a long fuse", api.OK, d.Append("b", []byte("3")))
 	}
 	d.Fuse(2)
-	told(t, "another fuse", api.OK, d.Append("b", nil))
+	samples.Told(t, "another fuse", api.OK, d.Append("b", nil))
 	d.Fuse(2)
-	told(t, "another fuse", api.OK, d.Append("b", nil), d.Append("b", nil))
-	told(t, "beyond the fuse", api.ErrDown, d.Append("b", nil))
+	samples.Told(t, "another fuse", api.OK, d.Append("b", nil), d.Append("b", nil))
+	samples.Told(t, "beyond the fuse", api.ErrDown, d.Append("b", nil))
 }
 
 // P10.2: a disk of which a sync came behind the fuse hasn't synced.
 func TestFuseAheadOfSync(t *testing.T) {
 	d := disk.New(100)
 	d.Fuse(1)
-	told(t, "ahead", api.OK, d.Append("a", []byte("1")))
+	samples.Told(t, "ahead", api.OK, d.Append("a", []byte("1")))
 	d.Sync()
 	if !d.Down() || d.Pending() != 1 {
 		t.Error(d.Down(), d.Pending())
@@ -200,7 +200,7 @@ func TestFuseAheadOfSync(t *testing.T) {
 	d.Sync()
 	c := d.Copy()
 	d.Crash(samples.Keeping(0))
-	holds(t, "it wasn't synced", d)
+	samples.Holds(t, "it wasn't synced", d)
 	c.Crash(samples.Keeping(1))
-	holds(t, "but may have been kept", c, "a", "1")
+	samples.Holds(t, "but may have been kept", c, "a", "1")
 }

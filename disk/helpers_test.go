@@ -3,7 +3,6 @@ package disk_test
 import (
 	"math"
 	"math/rand/v2"
-	"slices"
 	"strconv"
 	"strings"
 	"testing"
@@ -45,31 +44,6 @@ func allOf(d *disk.Disk) string {
 		c.Sync()
 	}
 	return s + " / " + strconv.Itoa(n)
-}
-
-// holds checks that the files of d are those, each name with its bytes behind it.
-func holds(t *testing.T, what string, d *disk.Disk, pairs ...string) {
-	t.Helper()
-	var names []string
-	for p := range slices.Chunk(pairs, 2) {
-		names = append(names, p[0])
-		if b, e := d.Read(p[0]); e != api.OK || string(b) != p[1] {
-			t.Errorf("%s: %q is %q, %v; want %q", what, p[0], b, e, p[1])
-		}
-	}
-	if l := d.Names(); !slices.Equal(l, names) {
-		t.Errorf("%s: there are %q; want %q", what, l, names)
-	}
-}
-
-// told checks the errors that calls answered, in their order.
-func told(t *testing.T, what string, want api.Errno, got ...api.Errno) {
-	t.Helper()
-	for i, e := range got {
-		if e != want {
-			t.Errorf("%s: call %d tells %v; want %v", what, i, e, want)
-		}
-	}
 }
 
 // refused checks that each call answers the error want, and changes nothing.

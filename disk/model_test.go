@@ -230,14 +230,14 @@ func TestCopy(t *testing.T) {
 // P10.2: a copy has the fuse, is down as its disk, and has the room.
 func TestCopyOfFuse(t *testing.T) {
 	d := disk.New(5)
-	told(t, "ahead", api.OK, d.Append("a", []byte("123")))
+	samples.Told(t, "ahead", api.OK, d.Append("a", []byte("123")))
 	d.Fuse(1)
 	c := d.Copy()
-	told(t, "no room", api.ErrFull, c.Append("a", []byte("456")), d.Append("b", []byte("456")))
-	told(t, "within the fuse", api.OK, c.Delete("a"), d.Append("a", []byte("45")))
-	holds(t, "copy", c)
-	holds(t, "disk", d, "a", "12345")
-	told(t, "beyond the fuse", api.ErrDown, c.Write("a", nil))
+	samples.Told(t, "no room", api.ErrFull, c.Append("a", []byte("456")), d.Append("b", []byte("456")))
+	samples.Told(t, "within the fuse", api.OK, c.Delete("a"), d.Append("a", []byte("45")))
+	samples.Holds(t, "copy", c)
+	samples.Holds(t, "disk", d, "a", "12345")
+	samples.Told(t, "beyond the fuse", api.ErrDown, c.Write("a", nil))
 	if !c.Down() || d.Down() {
 		t.Error(c.Down(), d.Down())
 	}
@@ -247,5 +247,5 @@ func TestCopyOfFuse(t *testing.T) {
 		t.Error(down.Down(), c.Down(), down.Pending())
 	}
 	down.Crash(samples.Keeping(1))
-	holds(t, "copy of the copy", down, "a", "123")
+	samples.Holds(t, "copy of the copy", down, "a", "123")
 }

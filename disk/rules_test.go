@@ -18,7 +18,7 @@ import (
 func TestNilDisk(t *testing.T) {
 	var d *disk.Disk
 	for _, name := range append(wrongNames(), "a") {
-		told(t, name, api.ErrNil, d.Append(name, nil), d.Append(name, []byte{1}), d.Write(name, nil), d.Rename(name, "b"), d.Rename("b", name), d.Delete(name))
+		samples.Told(t, name, api.ErrNil, d.Append(name, nil), d.Append(name, []byte{1}), d.Write(name, nil), d.Rename(name, "b"), d.Rename("b", name), d.Delete(name))
 		if b, e := d.Read(name); e != api.ErrNil || len(b) != 0 {
 			t.Errorf("%q: %v, %v", name, b, e)
 		}
@@ -35,18 +35,18 @@ func TestNilDisk(t *testing.T) {
 // R3: nil and nothing are one, as what is put and as what is read.
 func TestNilIsNothing(t *testing.T) {
 	c, d := disk.New(10), disk.New(10)
-	told(t, "nil", api.OK, c.Append("a", nil), c.Write("b", nil), c.Write("c", []byte("1")), c.Write("c", nil))
-	told(t, "nothing", api.OK, d.Append("a", []byte{}), d.Write("b", []byte{}), d.Write("c", []byte("1")), d.Write("c", []byte{}))
+	samples.Told(t, "nil", api.OK, c.Append("a", nil), c.Write("b", nil), c.Write("c", []byte("1")), c.Write("c", nil))
+	samples.Told(t, "nothing", api.OK, d.Append("a", []byte{}), d.Write("b", []byte{}), d.Write("c", []byte("1")), d.Write("c", []byte{}))
 	if a, b := allOf(c), allOf(d); a != b {
 		t.Errorf("%s; want %s", a, b)
 	}
-	holds(t, "nil", c, "a", "", "b", "", "c", "")
+	samples.Holds(t, "nil", c, "a", "", "b", "", "c", "")
 }
 
 // R4: bytes that are handed in aren't changed, spare room included, nor kept: what is read, pending or synced doesn't change with them.
 func TestBytesStay(t *testing.T) {
 	calls := func(d *disk.Disk, b []byte) {
-		told(t, "put", api.OK, d.Append("a", b), d.Write("b", b), d.Write("c", b), d.Append("c", []byte("and")))
+		samples.Told(t, "put", api.OK, d.Append("a", b), d.Write("b", b), d.Write("c", b), d.Append("c", []byte("and")))
 	}
 	for _, synced := range []bool{false, true} {
 		d, like := disk.New(100), disk.New(100)
@@ -58,7 +58,7 @@ func TestBytesStay(t *testing.T) {
 			d.Sync()
 			like.Sync()
 		}
-		told(t, "behind", api.OK, d.Append("b", []byte("more")), like.Append("b", []byte("more")))
+		samples.Told(t, "behind", api.OK, d.Append("b", []byte("more")), like.Append("b", []byte("more")))
 		if !bytes.Equal(whole, before) {
 			t.Error("the bytes are changed")
 		}
@@ -73,14 +73,14 @@ func TestBytesStay(t *testing.T) {
 func TestNamesAreNotKept(t *testing.T) {
 	from, to := []byte("from"), []byte("to")
 	d := disk.New(100)
-	told(t, "put", api.OK, d.Write(unsafe.String(&from[0], len(from)), []byte("1")), d.Rename(unsafe.String(&from[0], len(from)), unsafe.String(&to[0], len(to))))
+	samples.Told(t, "put", api.OK, d.Write(unsafe.String(&from[0], len(from)), []byte("1")), d.Rename(unsafe.String(&from[0], len(from)), unsafe.String(&to[0], len(to))))
 	c := d.Copy()
 	samples.Spoil(from)
 	samples.Spoil(to)
 	for _, d := range []*disk.Disk{d, c} {
-		holds(t, "read", d, "to", "1")
+		samples.Holds(t, "read", d, "to", "1")
 		d.Crash(samples.Keeping(1))
-		holds(t, "pending", d, "from", "1")
+		samples.Holds(t, "pending", d, "from", "1")
 	}
 }
 
@@ -89,7 +89,7 @@ func TestReadIsNew(t *testing.T) {
 	for n := range 40 {
 		d := disk.New(1000)
 		text := strings.Repeat("x", n)
-		told(t, "put", api.OK, d.Write("a", []byte(text)), d.Append("b", []byte("ahead")), d.Append("b", []byte(text)))
+		samples.Told(t, "put", api.OK, d.Write("a", []byte(text)), d.Append("b", []byte("ahead")), d.Append("b", []byte(text)))
 		for range 3 {
 			a, _ := d.Read("a")
 			b, _ := d.Read("b")
@@ -99,9 +99,9 @@ func TestReadIsNew(t *testing.T) {
 			if string(again) != "ahead"+text {
 				t.Error("it changes with an earlier answer")
 			}
-			holds(t, "it changes with the answer", d, "a", text, "b", "ahead"+text)
+			samples.Holds(t, "it changes with the answer", d, "a", text, "b", "ahead"+text)
 			d.Sync()
-			told(t, "put", api.OK, d.Append("b", []byte("behind")))
+			samples.Told(t, "put", api.OK, d.Append("b", []byte("behind")))
 			d.Crash(samples.Keeping(0))
 		}
 	}
@@ -110,10 +110,10 @@ func TestReadIsNew(t *testing.T) {
 // R4: bytes that were read don't change with what is done behind.
 func TestReadStays(t *testing.T) {
 	d := disk.New(1000)
-	told(t, "put", api.OK, d.Write("a", []byte("one")))
+	samples.Told(t, "put", api.OK, d.Write("a", []byte("one")))
 	read, _ := d.Read("a")
 	names := d.Names()
-	told(t, "behind", api.OK, d.Append("a", []byte("two")), d.Write("a", []byte("TWO")), d.Rename("a", "b"), d.Append("b", []byte("3")))
+	samples.Told(t, "behind", api.OK, d.Append("a", []byte("two")), d.Write("a", []byte("TWO")), d.Rename("a", "b"), d.Append("b", []byte("3")))
 	d.Crash(api.Plan{Torn: 0, Cut: 1})
 	if string(read) != "one" || !slices.Equal(names, []string{"a"}) {
 		t.Errorf("%q %q", read, names)
@@ -123,13 +123,13 @@ func TestReadStays(t *testing.T) {
 // R4: names that are told are new memory, and so is the list of them.
 func TestNamesAreNew(t *testing.T) {
 	d := disk.New(100)
-	told(t, "put", api.OK, d.Write("a", nil), d.Write("b", nil), d.Write("c", nil))
+	samples.Told(t, "put", api.OK, d.Write("a", nil), d.Write("b", nil), d.Write("c", nil))
 	l := d.Names()
 	for _, name := range l {
 		*unsafe.StringData(name) = 'z'
 	}
 	clear(l[:cap(l)])
-	holds(t, "names", d, "a", "", "b", "", "c", "")
+	samples.Holds(t, "names", d, "a", "", "b", "", "c", "")
 }
 
 // R5: what a disk answers hangs on what it has been through alone, not on other disks beside it.

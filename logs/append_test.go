@@ -22,14 +22,14 @@ func TestAppend(t *testing.T) {
 		if l.Next() != uint64(i+2) || d.Pending() != i+1 {
 			t.Errorf("%d: then %d, %d pending", i, l.Next(), d.Pending())
 		}
-		holds(t, "put", d, "f.1", run(1, texts[:i+1]...))
+		samples.Holds(t, "put", d, "f.1", run(1, texts[:i+1]...))
 	}
-	holds(t, "none is synced", samples.After(d, samples.Keeping(0)))
+	samples.Holds(t, "none is synced", samples.After(d, samples.Keeping(0)))
 	l.Sync()
 	if d.Pending() != 0 {
 		t.Error(d.Pending())
 	}
-	holds(t, "all are synced", samples.After(d, samples.Keeping(0)), "f.1", run(1, texts...))
+	samples.Holds(t, "all are synced", samples.After(d, samples.Keeping(0)), "f.1", run(1, texts...))
 	put(t, l, "b")
 	opened(t, "behind the sync", samples.After(d, samples.Keeping(0)), 6, texts...)
 	opened(t, "behind the sync", d, 7, append(texts, "b")...)
@@ -56,7 +56,7 @@ func TestAppendGoesOn(t *testing.T) {
 	} {
 		d := diskOf(c.files...)
 		l, _, e := logs.Open(d, "f")
-		told(t, c.what, api.OK, e)
+		samples.Told(t, c.what, api.OK, e)
 		put(t, l, "new")
 		b, e := d.Read(c.name)
 		if e != api.OK || string(b) != c.bytes || l.Next() != c.next+1 {
@@ -81,9 +81,9 @@ func TestFullSegments(t *testing.T) {
 			put(t, l, "b", "c")
 			first := run(1, "a", sized(size-len(record(1, "a"))))
 			if size < full {
-				holds(t, strconv.Itoa(size), d, "f.1", first+record(3, "b"), "f.2", record(4, "c"))
+				samples.Holds(t, strconv.Itoa(size), d, "f.1", first+record(3, "b"), "f.2", record(4, "c"))
 			} else {
-				holds(t, strconv.Itoa(size), d, "f.1", first, "f.2", run(3, "b", "c"))
+				samples.Holds(t, strconv.Itoa(size), d, "f.1", first, "f.2", run(3, "b", "c"))
 			}
 		}
 	}
@@ -109,7 +109,7 @@ func TestManySegments(t *testing.T) {
 	if segment < 12 {
 		t.Error("there are too few:", segment)
 	}
-	holds(t, "many", d, append(want, "f."+strconv.Itoa(segment), bytes)...)
+	samples.Holds(t, "many", d, append(want, "f."+strconv.Itoa(segment), bytes)...)
 	opened(t, "many", d, 401, texts...)
 }
 
@@ -119,7 +119,7 @@ func TestNextSegment(t *testing.T) {
 		d := diskOf("f."+c[0], run(1, sized(full)))
 		l := opened(t, c[0], d, 2, sized(full))
 		put(t, l, "a", "b")
-		holds(t, c[0], d, "f."+c[0], run(1, sized(full)), "f."+c[1], run(2, "a", "b"))
+		samples.Holds(t, c[0], d, "f."+c[0], run(1, sized(full)), "f."+c[1], run(2, "a", "b"))
 		opened(t, c[1], d, 4, sized(full), "a", "b")
 	}
 }
@@ -131,20 +131,20 @@ func TestAppendRefuses(t *testing.T) {
 	put(t, l, "a")
 	before := samples.State(d)
 	for _, text := range []string{"long" + run(1, "b"), strings.Repeat("x", 100), strings.Repeat("x", api.MaxText+1)} {
-		told(t, "no room", api.ErrFull, l.Append([]byte(text)))
+		samples.Told(t, "no room", api.ErrFull, l.Append([]byte(text)))
 		if l.Next() != 2 || samples.State(d) != before {
 			t.Errorf("%d, %s", l.Next(), samples.State(d))
 		}
 	}
 	put(t, l, "b", "c")
-	told(t, "no room", api.ErrFull, l.Append(nil))
+	samples.Told(t, "no room", api.ErrFull, l.Append(nil))
 	opened(t, "what fits", d, 4, "a", "b", "c")
 
 	d.Fuse(0)
 	d.Sync()
 	l = opened(t, "down", d, 4, "a", "b", "c")
 	before = samples.State(d)
-	told(t, "down", api.ErrDown, l.Append(nil), l.Append([]byte("long")), l.Append(nil))
+	samples.Told(t, "down", api.ErrDown, l.Append(nil), l.Append([]byte("long")), l.Append(nil))
 	if l.Next() != 4 || samples.State(d) != before {
 		t.Errorf("%d, %s", l.Next(), samples.State(d))
 	}
@@ -152,11 +152,11 @@ func TestAppendRefuses(t *testing.T) {
 	name := "longname." + strings.Repeat("9", 15)
 	d = diskOf(name, run(1, sized(full)))
 	l, _, _ = logs.Open(d, "longname")
-	told(t, "no such name", api.ErrArg, l.Append(nil), l.Append(nil))
+	samples.Told(t, "no such name", api.ErrArg, l.Append(nil), l.Append(nil))
 	if l.Next() != 2 {
 		t.Error(l.Next())
 	}
-	holds(t, "no such name", d, name, run(1, sized(full)))
+	samples.Holds(t, "no such name", d, name, run(1, sized(full)))
 }
 
 // P11.2: what didn't fit into a new segment didn't begin it: the next record finds the log as it was.
@@ -165,18 +165,18 @@ func TestRefusedBeginsNoSegment(t *testing.T) {
 	l := opened(t, "empty", d, 1)
 	put(t, l, sized(full))
 	for range 3 {
-		told(t, "no room", api.ErrFull, l.Append(make([]byte, 100)))
+		samples.Told(t, "no room", api.ErrFull, l.Append(make([]byte, 100)))
 	}
-	holds(t, "no room", d, "f.1", run(1, sized(full)))
+	samples.Holds(t, "no room", d, "f.1", run(1, sized(full)))
 	put(t, l, "a")
-	holds(t, "room", d, "f.1", run(1, sized(full)), "f.2", run(2, "a"))
+	samples.Holds(t, "room", d, "f.1", run(1, sized(full)), "f.2", run(2, "a"))
 
 	d = disk.New(full + 100)
 	l = opened(t, "empty", d, 1)
 	put(t, l, sized(full))
-	told(t, "no room", api.ErrFull, l.Append(make([]byte, 100)))
-	told(t, "cut", api.OK, l.Cut(listed("a")))
-	holds(t, "cut", d, "f.2", run(2, "a"))
+	samples.Told(t, "no room", api.ErrFull, l.Append(make([]byte, 100)))
+	samples.Told(t, "cut", api.OK, l.Cut(listed("a")))
+	samples.Holds(t, "cut", d, "f.2", run(2, "a"))
 }
 
 // P11.2: a text may have any number of bytes for which the disk has room, and is found again.
@@ -187,10 +187,10 @@ func TestTextsOfAllSizes(t *testing.T) {
 		d := disk.New(most)
 		put(t, opened(t, "empty", d, 1), text)
 		opened(t, strconv.Itoa(n), d, 2, text)
-		holds(t, strconv.Itoa(n), d, "f.1", run(1, text))
+		samples.Holds(t, strconv.Itoa(n), d, "f.1", run(1, text))
 	}
 	l := opened(t, "empty", disk.New(most), 1)
-	told(t, "a byte too many", api.ErrFull, l.Append(make([]byte, most-11)))
+	samples.Told(t, "a byte too many", api.ErrFull, l.Append(make([]byte, most-11)))
 }
 
 // P11.2: a sync is the disk's: all that is pending on it is synced, and it counts for a fuse.
@@ -198,13 +198,13 @@ func TestSync(t *testing.T) {
 	d := disk.New(most)
 	l := opened(t, "empty", d, 1)
 	put(t, l, "a")
-	told(t, "another file", api.OK, d.Append("other", []byte("1")))
+	samples.Told(t, "another file", api.OK, d.Append("other", []byte("1")))
 	d.Fuse(1)
 	l.Sync()
 	if d.Pending() != 0 || d.Down() {
 		t.Error(d.Pending(), d.Down())
 	}
-	holds(t, "synced", samples.After(d, samples.Keeping(0)), "f.1", run(1, "a"), "other", "1")
+	samples.Holds(t, "synced", samples.After(d, samples.Keeping(0)), "f.1", run(1, "a"), "other", "1")
 	l.Sync()
 	if !d.Down() {
 		t.Error("a sync of nothing doesn't count")
@@ -227,13 +227,13 @@ func TestTwoLogs(t *testing.T) {
 		put(t, f, text)
 		put(t, ff, "other "+text, "and")
 	}
-	told(t, "cut", api.OK, ff.Cut(listed("kept")))
-	told(t, "wrong", api.OK, d.Append("ff.3", []byte("x")))
+	samples.Told(t, "cut", api.OK, ff.Cut(listed("kept")))
+	samples.Told(t, "wrong", api.OK, d.Append("ff.3", []byte("x")))
 	if _, texts, e := logs.Open(d, "ff"); e != api.OK || !same(texts, []string{"kept"}) {
 		t.Error(texts, e)
 	}
 	opened(t, "beside another", d, 4, "a", sized(full), "b")
-	told(t, "cut", api.OK, f.Cut(nil))
+	samples.Told(t, "cut", api.OK, f.Cut(nil))
 	if _, texts, e := logs.Open(d, "ff"); e != api.OK || !same(texts, []string{"kept"}) || !slices.Equal(d.Names(), []string{"f.3", "ff.3"}) {
 		t.Error(texts, e, d.Names())
 	}

@@ -303,7 +303,7 @@ func TestTorn(t *testing.T) {
 // P11.4: nothing of a log is told of a nil one.
 func TestNilLog(t *testing.T) {
 	var l *logs.Log
-	told(t, "nil", api.ErrNil, l.Append(nil), l.Append([]byte("a")), l.Cut(nil), l.Cut(listed("a")))
+	samples.Told(t, "nil", api.ErrNil, l.Append(nil), l.Append([]byte("a")), l.Cut(nil), l.Cut(listed("a")))
 	l.Sync()
 	if l.Next() != 0 {
 		t.Error(l.Next())

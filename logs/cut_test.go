@@ -31,12 +31,12 @@ func TestCut(t *testing.T) {
 	} {
 		d := diskOf(append(c.files, "other", "1")...)
 		l, _, e := logs.Open(d, "f")
-		told(t, c.what, api.OK, e, l.Cut(listed(c.keep...)))
+		samples.Told(t, c.what, api.OK, e, l.Cut(listed(c.keep...)))
 		next := c.next + uint64(len(c.keep))
 		if l.Next() != next || d.Pending() != 0 {
 			t.Errorf("%s: %d, %d pending; want %d", c.what, l.Next(), d.Pending(), next)
 		}
-		holds(t, c.what, d, c.name, run(c.next, c.keep...), "other", "1")
+		samples.Holds(t, c.what, d, c.name, run(c.next, c.keep...), "other", "1")
 		opened(t, c.what, d, next, c.keep...)
 	}
 }
@@ -46,14 +46,14 @@ func TestAppendBehindCut(t *testing.T) {
 	d := disk.New(most)
 	l := opened(t, "empty", d, 1)
 	put(t, l, "a", "b", "c")
-	told(t, "cut", api.OK, l.Cut(listed("b", "c")))
+	samples.Told(t, "cut", api.OK, l.Cut(listed("b", "c")))
 	put(t, l, "d")
 	opened(t, "behind", d, 7, "b", "c", "d")
-	holds(t, "behind", d, "f.2", run(4, "b", "c", "d"))
-	told(t, "cut", api.OK, l.Cut(listed("d")))
+	samples.Holds(t, "behind", d, "f.2", run(4, "b", "c", "d"))
+	samples.Told(t, "cut", api.OK, l.Cut(listed("d")))
 	l = opened(t, "again", d, 8, "d")
 	put(t, l, "e")
-	holds(t, "again", d, "f.3", run(7, "d", "e"))
+	samples.Holds(t, "again", d, "f.3", run(7, "d", "e"))
 }
 
 // P11.3: of no records a new segment is begun too; the next record has the number that it was to have.
@@ -61,17 +61,17 @@ func TestCutOfAll(t *testing.T) {
 	for _, keep := range [][][]byte{nil, {}} {
 		d := diskOf("f.1", run(1, "a"), "f.2", run(2, "b"))
 		l := opened(t, "ahead", d, 3, "a", "b")
-		told(t, "cut", api.OK, l.Cut(keep))
-		holds(t, "cut", d, "f.3", "")
+		samples.Told(t, "cut", api.OK, l.Cut(keep))
+		samples.Holds(t, "cut", d, "f.3", "")
 		if l.Next() != 3 || d.Pending() != 0 {
 			t.Error(l.Next(), d.Pending())
 		}
 		opened(t, "none is found", d, 1)
 		put(t, l, "c", "d")
-		holds(t, "behind", d, "f.3", run(3, "c", "d"))
+		samples.Holds(t, "behind", d, "f.3", run(3, "c", "d"))
 		opened(t, "behind", d, 5, "c", "d")
-		told(t, "cut", api.OK, l.Cut(keep), l.Cut(keep))
-		holds(t, "cut again", d, "f.5", "")
+		samples.Told(t, "cut", api.OK, l.Cut(keep), l.Cut(keep))
+		samples.Holds(t, "cut again", d, "f.5", "")
 	}
 }
 
@@ -80,15 +80,15 @@ func TestCutOfMany(t *testing.T) {
 	d := diskOf("f.1", run(1, "a"), "f.2", run(2, "b"))
 	l := opened(t, "ahead", d, 3, "a", "b")
 	keep := []string{sized(full - 1), "c", "d", sized(full), "e"}
-	told(t, "cut", api.OK, l.Cut(listed(keep...)))
-	holds(t, "cut", d, "f.3", run(3, keep[:2]...), "f.4", run(5, keep[2:4]...), "f.5", run(7, "e"))
+	samples.Told(t, "cut", api.OK, l.Cut(listed(keep...)))
+	samples.Holds(t, "cut", d, "f.3", run(3, keep[:2]...), "f.4", run(5, keep[2:4]...), "f.5", run(7, "e"))
 	if d.Pending() != 0 {
 		t.Error(d.Pending())
 	}
 	opened(t, "cut", d, 8, keep...)
 	put(t, l, "f")
-	told(t, "cut", api.OK, l.Cut(listed("g")))
-	holds(t, "cut again", d, "f.6", run(9, "g"))
+	samples.Told(t, "cut", api.OK, l.Cut(listed("g")))
+	samples.Holds(t, "cut again", d, "f.6", run(9, "g"))
 }
 
 // cutting are the things that a cut to "k" and "l" does to a disk with those files, in their order.
@@ -120,7 +120,7 @@ func TestCutsInOrder(t *testing.T) {
 		if n < all {
 			want = api.ErrDown
 		}
-		told(t, strconv.Itoa(n)+" things", want, l.Cut(listed("k", "l")))
+		samples.Told(t, strconv.Itoa(n)+" things", want, l.Cut(listed("k", "l")))
 		if next := 5 + uint64(min(n, 2)); l.Next() != next {
 			t.Errorf("%d things: then %d; want %d", n, l.Next(), next)
 		}
@@ -137,7 +137,7 @@ func TestCutDown(t *testing.T) {
 		l := opened(t, "ahead", d, 3, "a", "b")
 		d.Fuse(0)
 		before := samples.State(d)
-		told(t, "down", api.ErrDown, l.Cut(listed(keep...)), l.Cut(listed(keep...)))
+		samples.Told(t, "down", api.ErrDown, l.Cut(listed(keep...)), l.Cut(listed(keep...)))
 		if l.Next() != 3 || samples.State(d) != before {
 			t.Errorf("%d, %s", l.Next(), samples.State(d))
 		}
@@ -145,8 +145,8 @@ func TestCutDown(t *testing.T) {
 	d := disk.New(most)
 	l := opened(t, "empty", d, 1)
 	d.Fuse(1)
-	told(t, "it can't be synced", api.ErrDown, l.Cut(listed("k")))
-	holds(t, "it can't be synced", samples.After(d, samples.Keeping(0)))
+	samples.Told(t, "it can't be synced", api.ErrDown, l.Cut(listed("k")))
+	samples.Holds(t, "it can't be synced", samples.After(d, samples.Keeping(0)))
 }
 
 // P11.3: where there is no room for the new segment nothing is deleted, and what was put of it stays: the next record goes behind that.
@@ -157,7 +157,7 @@ func TestCutFull(t *testing.T) {
 		l := opened(t, "empty", d, 1)
 		put(t, l, "a", "b")
 		l.Sync()
-		told(t, "no room", api.ErrFull, l.Cut(listed(keep...)))
+		samples.Told(t, "no room", api.ErrFull, l.Cut(listed(keep...)))
 		if l.Next() != uint64(3+good) || d.Pending() != good {
 			t.Errorf("%d, %d pending; want %d, %d", l.Next(), d.Pending(), 3+good, good)
 		}
@@ -165,7 +165,7 @@ func TestCutFull(t *testing.T) {
 		if good > 0 {
 			files = append(files, "f.2", run(3, keep[:good]...))
 		}
-		holds(t, "no room", d, files...)
+		samples.Holds(t, "no room", d, files...)
 		opened(t, "no room", d, uint64(3+good), slices.Concat([]string{"a", "b"}, keep[:good])...)
 	}
 }
@@ -175,15 +175,15 @@ func TestBehindCutFull(t *testing.T) {
 	d := disk.New(100)
 	l := opened(t, "empty", d, 1)
 	put(t, l, "a", "b")
-	told(t, "no room for any", api.ErrFull, l.Cut(listed(strings.Repeat("x", 80), "k")))
+	samples.Told(t, "no room for any", api.ErrFull, l.Cut(listed(strings.Repeat("x", 80), "k")))
 	put(t, l, "c")
-	holds(t, "it was never begun", d, "f.1", run(1, "a", "b", "c"))
-	told(t, "no room for all", api.ErrFull, l.Cut(listed("k", strings.Repeat("x", 80))))
+	samples.Holds(t, "it was never begun", d, "f.1", run(1, "a", "b", "c"))
+	samples.Told(t, "no room for all", api.ErrFull, l.Cut(listed("k", strings.Repeat("x", 80))))
 	put(t, l, "d")
-	holds(t, "it was begun", d, "f.1", run(1, "a", "b", "c"), "f.2", run(4, "k", "d"))
+	samples.Holds(t, "it was begun", d, "f.1", run(1, "a", "b", "c"), "f.2", run(4, "k", "d"))
 	opened(t, "it was begun", d, 6, "a", "b", "c", "k", "d")
-	told(t, "room for all", api.OK, l.Cut(listed("d", "e")))
-	holds(t, "cut", d, "f.3", run(6, "d", "e"))
+	samples.Told(t, "room for all", api.OK, l.Cut(listed("d", "e")))
+	samples.Holds(t, "cut", d, "f.3", run(6, "d", "e"))
 }
 
 // P11.3: where no file can have the new segment's name, that is told, and nothing is changed.
@@ -193,7 +193,7 @@ func TestCutWithoutName(t *testing.T) {
 		d := diskOf(name, run(1, "a"))
 		l, _, _ := logs.Open(d, "longname")
 		before := samples.State(d)
-		told(t, "no such name", api.ErrArg, l.Cut(listed(keep...)))
+		samples.Told(t, "no such name", api.ErrArg, l.Cut(listed(keep...)))
 		if l.Next() != 2 || samples.State(d) != before {
 			t.Errorf("%d, %s", l.Next(), samples.State(d))
 		}

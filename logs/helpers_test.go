@@ -65,24 +65,6 @@ func diskOf(pairs ...string) *disk.Disk {
 	return samples.Filled(disk.New(most), pairs...)
 }
 
-// holds checks that the files of d are those, each name with its bytes behind it.
-func holds(t *testing.T, what string, d *disk.Disk, pairs ...string) {
-	t.Helper()
-	if got, want := samples.Files(d), samples.Files(diskOf(pairs...)); got != want {
-		t.Errorf("%s: there is %.2000s; want %.2000s", what, got, want)
-	}
-}
-
-// told checks the errors that calls answered, in their order.
-func told(t *testing.T, what string, want api.Errno, got ...api.Errno) {
-	t.Helper()
-	for i, e := range got {
-		if e != want {
-			t.Errorf("%s: call %d tells %v; want %v", what, i, e, want)
-		}
-	}
-}
-
 // opened is the log f of d, which is opened without an error, has that next number, and those texts.
 func opened(t *testing.T, what string, d *disk.Disk, next uint64, texts ...string) *logs.Log {
 	t.Helper()
@@ -108,7 +90,7 @@ func refused(t *testing.T, what string, d *disk.Disk, prefix string, want api.Er
 func put(t *testing.T, l *logs.Log, texts ...string) {
 	t.Helper()
 	for _, text := range texts {
-		told(t, "append", api.OK, l.Append([]byte(text)))
+		samples.Told(t, "append", api.OK, l.Append([]byte(text)))
 	}
 }
 

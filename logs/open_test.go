@@ -44,9 +44,9 @@ func TestPrefixes(t *testing.T) {
 	for _, prefix := range []string{"a", "z", "f", "az", "za", "snapsnap", "abcdefgh", "stuvwxyz", "ijklmno", "pqr", "zzzzzzzz", "aaaaaaaa"} {
 		d := disk.New(most)
 		l, _, e := logs.Open(d, prefix)
-		told(t, prefix, api.OK, e)
+		samples.Told(t, prefix, api.OK, e)
 		put(t, l, "text")
-		holds(t, prefix, d, prefix+".1", run(1, "text"))
+		samples.Holds(t, prefix, d, prefix+".1", run(1, "text"))
 	}
 }
 
@@ -60,7 +60,7 @@ func TestExample(t *testing.T) {
 		t.Errorf("% x, %v", b, e)
 	}
 	put(t, l, "")
-	holds(t, "known", d, "f.1", "\x01\x01a"+"\xda\xac\x01\xea\xa5\x1e\x59\xdd"+"\x02\x00"+"\x99\xbe\x5e\xfb\x88\xca\x20\x13")
+	samples.Holds(t, "known", d, "f.1", "\x01\x01a"+"\xda\xac\x01\xea\xa5\x1e\x59\xdd"+"\x02\x00"+"\x99\xbe\x5e\xfb\x88\xca\x20\x13")
 }
 
 // P11.1: on a disk on which nothing is wrong all records are found, and it is left as it is.
@@ -90,7 +90,7 @@ func TestNothingWrong(t *testing.T) {
 		d := diskOf(c.files...)
 		for range 3 {
 			opened(t, c.what, d, c.next, c.texts...)
-			holds(t, c.what, d, c.files...)
+			samples.Holds(t, c.what, d, c.files...)
 		}
 		if d.Pending() != 0 {
 			t.Errorf("%s: %d pending", c.what, d.Pending())
@@ -101,7 +101,7 @@ func TestNothingWrong(t *testing.T) {
 // P11.1: where nothing is wrong nothing at all is done: what is pending stays so, no fuse blows, and the disk may be down.
 func TestNothingDone(t *testing.T) {
 	d := diskOf("f.1", run(1, "a"))
-	told(t, "pending", api.OK, d.Append("f.1", []byte(run(2, "b"))), d.Write("f.2", []byte(run(3, "c"))))
+	samples.Told(t, "pending", api.OK, d.Append("f.1", []byte(run(2, "b"))), d.Write("f.2", []byte(run(3, "c"))))
 	d.Fuse(0)
 	before := samples.State(d)
 	for range 2 {
@@ -110,7 +110,7 @@ func TestNothingDone(t *testing.T) {
 			t.Error("it is changed, or down")
 		}
 	}
-	told(t, "the fuse", api.ErrDown, d.Append("x", nil))
+	samples.Told(t, "the fuse", api.ErrDown, d.Append("x", nil))
 	opened(t, "down", d, 4, "a", "b", "c")
 	if samples.State(d) != before {
 		t.Error("it is changed as it is down")
@@ -153,10 +153,10 @@ func TestWrongRecord(t *testing.T) {
 		for _, behind := range []string{"", record(3, "right"), record(4, "behind"), "x"} {
 			d := diskOf("f.1", run(1, "a", "b")+wrong+behind, "f.2", run(3, "c"), "f.3", run(4, "d"))
 			opened(t, what, d, 3, "a", "b")
-			holds(t, what, d, "f.1", run(1, "a", "b"))
+			samples.Holds(t, what, d, "f.1", run(1, "a", "b"))
 			d = diskOf("f.1", run(1, "a", "b"), "f.2", wrong+behind, "f.4", run(3, "c"))
 			opened(t, what+" in a segment of its own", d, 3, "a", "b")
-			holds(t, what+" in a segment of its own", d, "f.1", run(1, "a", "b"), "f.2", "")
+			samples.Holds(t, what+" in a segment of its own", d, "f.1", run(1, "a", "b"), "f.2", "")
 		}
 	}
 }
@@ -230,7 +230,7 @@ func TestEachCut(t *testing.T) {
 			good++
 		}
 		opened(t, "cut to "+strconv.Itoa(n), d, uint64(good+1), texts[:good]...)
-		holds(t, "cut to "+strconv.Itoa(n), d, "f.1", run(1, texts[:good]...))
+		samples.Holds(t, "cut to "+strconv.Itoa(n), d, "f.1", run(1, texts[:good]...))
 		if d.Pending() != 0 {
 			t.Errorf("cut to %d: %d pending", n, d.Pending())
 		}
@@ -246,22 +246,22 @@ func TestOtherFiles(t *testing.T) {
 	}
 	d := diskOf(append(pairs, "f.1", run(1, "a", "b"), "f.5", run(3, "c"))...)
 	opened(t, "others", d, 4, "a", "b", "c")
-	holds(t, "others", d, append(pairs, "f.1", run(1, "a", "b"), "f.5", run(3, "c"))...)
+	samples.Holds(t, "others", d, append(pairs, "f.1", run(1, "a", "b"), "f.5", run(3, "c"))...)
 	d = diskOf(append(pairs, "f.1", run(1, "a")+"x", "f.5", run(3, "c"))...)
 	opened(t, "others, and mended", d, 2, "a")
-	holds(t, "others, and mended", d, append(pairs, "f.1", run(1, "a"))...)
+	samples.Holds(t, "others, and mended", d, append(pairs, "f.1", run(1, "a"))...)
 	put(t, opened(t, "others", d, 2, "a"), "b")
-	holds(t, "others, and put", d, append(pairs, "f.1", run(1, "a", "b"))...)
+	samples.Holds(t, "others, and put", d, append(pairs, "f.1", run(1, "a", "b"))...)
 }
 
 // P11.1: what stands where a segment is written anew is no part of the log: it stays where nothing is wrong, and else gives way.
 func TestSpareFile(t *testing.T) {
 	d := diskOf("f.1", run(1, "a"), "f.tmp", run(2, "b"))
 	opened(t, "nothing wrong", d, 2, "a")
-	holds(t, "nothing wrong", d, "f.1", run(1, "a"), "f.tmp", run(2, "b"))
+	samples.Holds(t, "nothing wrong", d, "f.1", run(1, "a"), "f.tmp", run(2, "b"))
 	d = diskOf("f.1", run(1, "a")+"x", "f.tmp", run(2, "b"))
 	opened(t, "mended", d, 2, "a")
-	holds(t, "mended", d, "f.1", run(1, "a"))
+	samples.Holds(t, "mended", d, "f.1", run(1, "a"))
 	opened(t, "alone", diskOf("f.tmp", run(1, "b")), 1)
 }
 
@@ -321,11 +321,11 @@ func TestMendsNothingFull(t *testing.T) {
 	good, wrong := run(1, "text"), "wrong"
 	for _, more := range []int{0, 1, len(good) - 1, len(good), len(good) + 1} {
 		d := disk.New(len(good) + len(wrong) + more)
-		told(t, "ahead", api.OK, d.Write("f.1", []byte(good+wrong)))
+		samples.Told(t, "ahead", api.OK, d.Write("f.1", []byte(good+wrong)))
 		before := samples.State(d)
 		if more >= len(good) {
 			opened(t, "room", d, 2, "text")
-			holds(t, "room", d, "f.1", good)
+			samples.Holds(t, "room", d, "f.1", good)
 			continue
 		}
 		refused(t, "no room", d, "f", api.ErrFull)
@@ -334,7 +334,7 @@ func TestMendsNothingFull(t *testing.T) {
 		}
 	}
 	d := disk.New(5)
-	told(t, "ahead", api.OK, d.Write("f.1", []byte("wrong")))
+	samples.Told(t, "ahead", api.OK, d.Write("f.1", []byte("wrong")))
 	opened(t, "no bytes need no room", d, 1)
-	holds(t, "no bytes need no room", d, "f.1", "")
+	samples.Holds(t, "no bytes need no room", d, "f.1", "")
 }

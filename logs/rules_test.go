@@ -30,8 +30,8 @@ func TestFirstError(t *testing.T) {
 func TestNilIsNothing(t *testing.T) {
 	c, d := disk.New(most), disk.New(most)
 	k, l := opened(t, "nil", c, 1), opened(t, "nothing", d, 1)
-	told(t, "nil", api.OK, k.Append(nil), k.Cut([][]byte{nil, {}}), k.Append(nil), k.Cut(nil))
-	told(t, "nothing", api.OK, l.Append([]byte{}), l.Cut([][]byte{{}, nil}), l.Append([]byte{}), l.Cut([][]byte{}))
+	samples.Told(t, "nil", api.OK, k.Append(nil), k.Cut([][]byte{nil, {}}), k.Append(nil), k.Cut(nil))
+	samples.Told(t, "nothing", api.OK, l.Append([]byte{}), l.Cut([][]byte{{}, nil}), l.Append([]byte{}), l.Cut([][]byte{}))
 	if a, b := samples.State(c), samples.State(d); a != b || k.Next() != l.Next() {
 		t.Errorf("%s, then %d; want %s, then %d", a, k.Next(), b, l.Next())
 	}
@@ -43,8 +43,8 @@ func TestTextsStay(t *testing.T) {
 	l, m := opened(t, "empty", d, 1), opened(t, "empty", like, 1)
 	texts := listed("a", "", "third")
 	view, stays := samples.RoomyTexts(texts)
-	told(t, "put", api.OK, l.Append(view[0]), l.Cut(view), l.Append(view[2]))
-	told(t, "put", api.OK, m.Append(texts[0]), m.Cut(texts), m.Append(texts[2]))
+	samples.Told(t, "put", api.OK, l.Append(view[0]), l.Cut(view), l.Append(view[2]))
+	samples.Told(t, "put", api.OK, m.Append(texts[0]), m.Cut(texts), m.Append(texts[2]))
 	if !stays() {
 		t.Error("they are changed")
 	}
@@ -60,7 +60,7 @@ func TestTextsStay(t *testing.T) {
 	full := disk.New(12)
 	l = opened(t, "empty", full, 1)
 	view, stays = samples.RoomyTexts(texts)
-	told(t, "no room", api.ErrFull, l.Cut(view), l.Append(view[2]))
+	samples.Told(t, "no room", api.ErrFull, l.Cut(view), l.Append(view[2]))
 	if !stays() {
 		t.Error("they are changed, where there is no room")
 	}
@@ -71,10 +71,10 @@ func TestPrefixIsNotKept(t *testing.T) {
 	prefix := []byte("log")
 	d := disk.New(most)
 	l, _, e := logs.Open(d, unsafe.String(&prefix[0], len(prefix)))
-	told(t, "open", api.OK, e)
+	samples.Told(t, "open", api.OK, e)
 	samples.Spoil(prefix)
-	told(t, "put", api.OK, l.Append([]byte("a")), l.Cut(listed("b")), l.Append([]byte("c")))
-	holds(t, "its name", d, "log.2", run(2, "b", "c"))
+	samples.Told(t, "put", api.OK, l.Append([]byte("a")), l.Cut(listed("b")), l.Append([]byte("c")))
+	samples.Holds(t, "its name", d, "log.2", run(2, "b", "c"))
 }
 
 // R4: texts that are answered are new memory: they share none with each other, with the log, with the disk, or with earlier answers.
@@ -208,6 +208,6 @@ func anyCalls(l *logs.Log, r *rand.Rand) {
 func TestGreatTexts(t *testing.T) {
 	l := opened(t, "empty", disk.New(math.MaxInt), 1)
 	great := make([]byte, 1<<24)
-	told(t, "great", api.ErrFull, l.Append(great), l.Cut([][]byte{great}))
+	samples.Told(t, "great", api.ErrFull, l.Append(great), l.Cut([][]byte{great}))
 	put(t, l, "a")
 }

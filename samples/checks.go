@@ -1,0 +1,40 @@
+package samples
+
+import (
+	"slices"
+
+	"consistory/api"
+)
+
+// Test is a test that runs, as far as checks need it.
+type Test interface {
+	Helper()
+	Errorf(format string, args ...any)
+}
+
+// Told checks the errors that calls answered, in their order.
+func Told(t Test, what string, want api.Errno, got ...api.Errno) {
+	t.Helper()
+	for i, e := range got {
+		if e != want {
+			t.Errorf("%s: call %d tells %v; want %v", what, i, e, want)
+		}
+	}
+}
+
+// Holds checks that the files of d are those, in any order, each name with its bytes
+// behind it.
+func Holds(t Test, what string, d Disk, pairs ...string) {
+	t.Helper()
+	var names []string
+	for p := range slices.Chunk(pairs, 2) {
+		names = append(names, p[0])
+		if b, e := d.Read(p[0]); e != api.OK || string(b) != p[1] {
+			t.Errorf("%s: %q is %.2000q, %v; want %.2000q", what, p[0], b, e, p[1])
+		}
+	}
+	slices.Sort(names)
+	if l := d.Names(); !slices.Equal(l, names) {
+		t.Errorf("%s: there are %q; want %q", what, l, names)
+	}
+}
