@@ -145,11 +145,11 @@ func TestGetBatchNumber(t *testing.T) {
 	refusedBatch(t, "nil", nil, api.ErrShort)
 	refusedBatch(t, "nothing", []byte{}, api.ErrShort)
 	for n := uint64(1); n <= 4; n++ {
-		refusedBatch(t, "a number, and nothing behind", batchOf(n), api.ErrShort)
+		refusedBatch(t, "a number, and nothing behind", samples.CountAnd(n), api.ErrShort)
 	}
-	refusedBatch(t, "two, and one behind", batchOf(2, one), api.ErrShort)
-	refusedBatch(t, "one, and two behind", batchOf(1, one, bytesOf(put(1, 2))), api.ErrForm)
-	refusedBatch(t, "none, and one behind", batchOf(0, one), api.ErrForm)
+	refusedBatch(t, "two, and one behind", samples.CountAnd(2, one), api.ErrShort)
+	refusedBatch(t, "one, and two behind", samples.CountAnd(1, one, bytesOf(put(1, 2))), api.ErrForm)
+	refusedBatch(t, "none, and one behind", samples.CountAnd(0, one), api.ErrForm)
 }
 
 // P7.3: bytes that end anywhere within are too short.
@@ -175,18 +175,18 @@ func TestGetBatchLeft(t *testing.T) {
 func TestGetBatchBounds(t *testing.T) {
 	refusedBatch(t, "2001 bytes, and none of them", []byte{1, 0xd1, 0x0f}, api.ErrRange)
 	refusedBatch(t, "2000 bytes, and none of them", []byte{1, 0xd0, 0x0f}, api.ErrShort)
-	refusedBatch(t, "2001 bytes", batchOf(1, make([]byte, 2001)), api.ErrRange)
+	refusedBatch(t, "2001 bytes", samples.CountAnd(1, make([]byte, 2001)), api.ErrRange)
 	refusedBatch(t, "a length told by too many bytes", append([]byte{1, 0x88, 0}, bytesOf(put(1, 1))...), api.ErrForm)
 	one := bytesOf(put(1, 1))
-	refusedBatch(t, "2000 bytes, of which a few are a request", batchOf(1, append(slices.Clone(one), make([]byte, 2000-len(one))...)), api.ErrForm)
-	refusedBatch(t, "2001 bytes, of which a few are a request", batchOf(1, append(slices.Clone(one), make([]byte, 2001-len(one))...)), api.ErrRange)
+	refusedBatch(t, "2000 bytes, of which a few are a request", samples.CountAnd(1, append(slices.Clone(one), make([]byte, 2000-len(one))...)), api.ErrForm)
+	refusedBatch(t, "2001 bytes, of which a few are a request", samples.CountAnd(1, append(slices.Clone(one), make([]byte, 2001-len(one))...)), api.ErrRange)
 	r := put(1, 1)
 	r.Sig = make([]byte, 1000)
-	if l, e := reqs.GetBatch(batchOf(1, bytesOf(r))); e != api.OK || !sameAll(l, []api.Req{r}) {
+	if l, e := reqs.GetBatch(samples.CountAnd(1, bytesOf(r))); e != api.OK || !sameAll(l, []api.Req{r}) {
 		t.Errorf("1000 bytes of signature: %v, %v", l, e)
 	}
 	r.Sig = make([]byte, 1001)
-	refusedBatch(t, "1001 bytes of signature", batchOf(1, bytesOf(r)), api.ErrRange)
+	refusedBatch(t, "1001 bytes of signature", samples.CountAnd(1, bytesOf(r)), api.ErrRange)
 }
 
 // P7.3: texts are met one by one: what is wrong with an earlier one is told, whatever is wrong with a later one.
@@ -206,13 +206,13 @@ func TestGetBatchInOrder(t *testing.T) {
 		{bytesOf(put(1, 9)), api.ErrArg},
 	}
 	for i, first := range wrong {
-		refusedBatch(t, "one alone", batchOf(1, first.one), first.want)
-		refusedBatch(t, "one, and none behind", batchOf(2, first.one), first.want)
-		refusedBatch(t, "one, and bytes left", append(batchOf(1, first.one), 1, 2), first.want)
-		refusedBatch(t, "one behind a right one", batchOf(2, bytesOf(put(1, 1)), first.one), first.want)
-		refusedBatch(t, "one behind two of which the later isn't greater", batchOf(3, bytesOf(put(1, 1)), bytesOf(put(1, 1)), first.one), first.want)
+		refusedBatch(t, "one alone", samples.CountAnd(1, first.one), first.want)
+		refusedBatch(t, "one, and none behind", samples.CountAnd(2, first.one), first.want)
+		refusedBatch(t, "one, and bytes left", append(samples.CountAnd(1, first.one), 1, 2), first.want)
+		refusedBatch(t, "one behind a right one", samples.CountAnd(2, bytesOf(put(1, 1)), first.one), first.want)
+		refusedBatch(t, "one behind two of which the later isn't greater", samples.CountAnd(3, bytesOf(put(1, 1)), bytesOf(put(1, 1)), first.one), first.want)
 		for _, second := range wrong {
-			refusedBatch(t, "two", batchOf(2, first.one, second.one), wrong[i].want)
+			refusedBatch(t, "two", samples.CountAnd(2, first.one, second.one), wrong[i].want)
 		}
 	}
 }

@@ -46,22 +46,13 @@ func bytesOf(r api.Req) []byte {
 	return oneOf(textOf(r), r.Sig)
 }
 
-// batchOf are bytes that tell a number n and those of each request.
-func batchOf(n uint64, each ...[]byte) []byte {
-	b := binary.AppendUvarint(nil, n)
-	for _, one := range each {
-		b = append(b, samples.LengthAnd(one)...)
-	}
-	return b
-}
-
 // bytesOfBatch are the bytes of l as a batch, whether or not it is formed.
 func bytesOfBatch(l []api.Req) []byte {
 	var each [][]byte
 	for _, r := range l {
 		each = append(each, bytesOf(r))
 	}
-	return batchOf(uint64(len(l)), each...)
+	return samples.CountAnd(uint64(len(l)), each...)
 }
 
 // put is a request of a key and a number, that nobody signed.

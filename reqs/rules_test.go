@@ -216,7 +216,7 @@ func TestNeverPanics(t *testing.T) {
 			reqs.Check(api.Keys{Roots: k.Roots[:r.IntN(7)]}, s)
 			b := bytesOf(s)
 			reqs.Get(b[:r.IntN(len(b)+1)])
-			reqs.CheckBatch(k, batchOf(uint64(r.IntN(6)), b, samples.Text(r, r.IntN(50))))
+			reqs.CheckBatch(k, samples.CountAnd(uint64(r.IntN(6)), b, samples.Text(r, r.IntN(50))))
 		}
 		b := samples.Text(r, r.IntN(60))
 		reqs.Get(b)

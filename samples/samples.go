@@ -47,15 +47,29 @@ func Texts(s Source, lengths ...int) [][]byte {
 	return l
 }
 
-// LengthAnd is b with its length ahead, as a text is told: seven bits a byte,
-// the lowest first. It calls no layer, so that it can be held against them.
+// LengthAnd is b with its length ahead, as a text is told.
 func LengthAnd(b []byte) []byte {
+	return append(packed(uint64(len(b))), b...)
+}
+
+// CountAnd is n, as how many there are is told, and each text behind it; n may be
+// another number than these are.
+func CountAnd(n uint64, each ...[]byte) []byte {
+	l := packed(n)
+	for _, b := range each {
+		l = append(l, LengthAnd(b)...)
+	}
+	return l
+}
+
+// packed is n by groups of seven bits, the lowest first. It calls no layer, so that it
+// can be held against them.
+func packed(n uint64) []byte {
 	var l []byte
-	n := len(b)
 	for ; n >= 128; n >>= 7 {
 		l = append(l, byte(n)|128)
 	}
-	return append(append(l, byte(n)), b...)
+	return append(l, byte(n))
 }
 
 // Hashes are digests of which the bytes are of all sorts: noughts, ones, both,

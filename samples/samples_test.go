@@ -52,6 +52,22 @@ func TestLengthAnd(t *testing.T) {
 	}
 }
 
+// Ahead of texts stands the number that is told, whether or not they are so many; each has its length ahead.
+func TestCountAnd(t *testing.T) {
+	l := samples.Texts(rand.New(rand.NewPCG(1, 2)), 3, 0, 300)
+	for _, n := range []uint64{0, 1, 3, 127, 128, 1 << 32, 1<<64 - 1} {
+		for size := range len(l) + 1 {
+			want := binary.AppendUvarint(nil, n)
+			for _, b := range l[:size] {
+				want = append(binary.AppendUvarint(want, uint64(len(b))), b...)
+			}
+			if got := samples.CountAnd(n, l[:size]...); !bytes.Equal(got, want) {
+				t.Errorf("%d, and %d texts: % x", n, size, got)
+			}
+		}
+	}
+}
+
 // No digest is there twice; the noughts and the ones stand ahead.
 func TestHashes(t *testing.T) {
 	l := samples.Hashes(rand.New(rand.NewPCG(1, 2)))

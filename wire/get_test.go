@@ -116,21 +116,21 @@ func TestGetParts(t *testing.T) {
 			want = api.ErrRange
 		}
 		if n > 0 {
-			refusedGet(t, "a number of parts, and none of them", append(slices.Clone(first), partsOf(n)...), want)
-			refusedGet(t, "one part misses", append(slices.Clone(first), partsOf(n, make([][]byte, n-1)...)...), want)
+			refusedGet(t, "a number of parts, and none of them", append(slices.Clone(first), samples.CountAnd(n)...), want)
+			refusedGet(t, "one part misses", append(slices.Clone(first), samples.CountAnd(n, make([][]byte, n-1)...)...), want)
 		}
-		b := append(slices.Clone(first), partsOf(n, make([][]byte, n)...)...)
+		b := append(slices.Clone(first), samples.CountAnd(n, make([][]byte, n)...)...)
 		if n > parts {
 			refusedGet(t, "too many parts", b, api.ErrRange)
 		} else if m, e := wire.Get(b); e != api.OK || len(m.Parts) != int(n) {
 			t.Errorf("%d parts: %v, %v", n, brief(m), e)
 		}
 		if n < parts {
-			refusedGet(t, "a part too many", append(slices.Clone(first), partsOf(n, make([][]byte, n+1)...)...), api.ErrForm)
+			refusedGet(t, "a part too many", append(slices.Clone(first), samples.CountAnd(n, make([][]byte, n+1)...)...), api.ErrForm)
 		}
 	}
 	for _, n := range []uint64{128, 1 << 16, 1 << 32, 1<<32 + 1, 1 << 63, 1<<64 - 1} {
-		refusedGet(t, "far too many parts", append(slices.Clone(first), partsOf(n)...), api.ErrRange)
+		refusedGet(t, "far too many parts", append(slices.Clone(first), samples.CountAnd(n)...), api.ErrRange)
 	}
 }
 

@@ -47,18 +47,9 @@ func headOf(m api.Msg) []byte {
 	return append(b, m.Hash[:]...)
 }
 
-// partsOf are bytes that tell a number n and each part.
-func partsOf(n uint64, each ...[]byte) []byte {
-	b := binary.AppendUvarint(nil, n)
-	for _, part := range each {
-		b = append(b, samples.LengthAnd(part)...)
-	}
-	return b
-}
-
 // bytesOf are m's bytes, whether or not it is formed.
 func bytesOf(m api.Msg) []byte {
-	return slices.Concat(headOf(m), samples.LengthAnd(m.Body), partsOf(uint64(len(m.Parts)), m.Parts...))
+	return slices.Concat(headOf(m), samples.LengthAnd(m.Body), samples.CountAnd(uint64(len(m.Parts)), m.Parts...))
 }
 
 // vote is a message with numbers and a digest alone.
