@@ -1,6 +1,7 @@
 package samples
 
 import (
+	"bytes"
 	"slices"
 
 	"consistory/api"
@@ -36,5 +37,22 @@ func Holds(t Test, what string, d Disk, pairs ...string) {
 	slices.Sort(names)
 	if l := d.Names(); !slices.Equal(l, names) {
 		t.Errorf("%s: there are %q; want %q", what, l, names)
+	}
+}
+
+// Leaves checks that get changes none of the bytes that it reads, spare room included,
+// and that what is behind them tells it nothing.
+func Leaves[V any](t Test, get func(b []byte) (V, api.Errno), same func(v, w V) bool, lists ...[]byte) {
+	t.Helper()
+	for _, b := range lists {
+		whole, view := Roomy(b)
+		before := slices.Clone(whole)
+		v, e := get(view)
+		if !bytes.Equal(whole, before) {
+			t.Errorf("%d bytes are changed", len(b))
+		}
+		if w, f := get(b); e != f || !same(v, w) {
+			t.Errorf("%d bytes tell something else with room behind: %v, %v", len(b), e, f)
+		}
 	}
 }

@@ -60,3 +60,24 @@ func TestHolds(t *testing.T) {
 		}
 	}
 }
+
+// Who writes into what it reads, or behind it, and who reads what is behind it, is told.
+func TestLeaves(t *testing.T) {
+	same := func(v, w int) bool { return v == w }
+	lists := [][]byte{nil, {1}, {1, 2, 3}}
+	for _, c := range []struct {
+		get   func(b []byte) (int, api.Errno)
+		wrong int
+	}{
+		{func(b []byte) (int, api.Errno) { return len(b), api.ErrForm }, 0},
+		{func(b []byte) (int, api.Errno) { return cap(b), api.OK }, 3},
+		{func(b []byte) (int, api.Errno) { return 0, api.Errno(cap(b)) }, 3},
+		{func(b []byte) (int, api.Errno) { clear(b); return 0, api.OK }, 2},
+		{func(b []byte) (int, api.Errno) { _ = append(b, 7); return 0, api.OK }, 3},
+	} {
+		var n notes
+		if samples.Leaves(&n, c.get, same, lists...); len(n) != c.wrong {
+			t.Errorf("%q; want %d", n, c.wrong)
+		}
+	}
+}

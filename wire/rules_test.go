@@ -49,18 +49,7 @@ func TestMessageStays(t *testing.T) {
 // R4: bytes that are handed in aren't changed, spare room included, and what is behind them tells nothing.
 func TestBytesStay(t *testing.T) {
 	b := bytesOf(withBody(20, 3, 0, 150))
-	for _, b := range [][]byte{nil, b[:5], b[:start], b[:start+10], b, append(slices.Clone(b), 0), bytesOf(wrongMsgs()[0]), make([]byte, room+1)} {
-		whole, view := samples.Roomy(b)
-		before := slices.Clone(whole)
-		m, e := wire.Get(view)
-		if !bytes.Equal(whole, before) {
-			t.Errorf("%d bytes are changed", len(b))
-		}
-		n, f := wire.Get(b)
-		if e != f || !samples.SameMsg(m, n) {
-			t.Errorf("%d bytes are another message with room behind: %v, %v", len(b), e, f)
-		}
-	}
+	samples.Leaves(t, wire.Get, samples.SameMsg, nil, b[:5], b[:start], b[:start+10], b, append(slices.Clone(b), 0), bytesOf(wrongMsgs()[0]), make([]byte, room+1))
 }
 
 // R4: what is got is new memory: it shares none with the bytes, with an earlier answer, or among its own lists.
