@@ -21,14 +21,6 @@ const (
 	oneRoom  = 2000 // bytes that are read as one of a batch, at most
 )
 
-// ends are numbers at the ends of what 64 bits with a sign tell, and of what less does.
-func ends() []int64 {
-	return []int64{
-		0, 1, 2, 5, 63, 64, 127, 128, 8191, 8192, 65535, 65536, 65536 + 5, math.MaxInt32, 1 << 32, math.MaxInt64 - 1, math.MaxInt64,
-		-1, -2, -63, -64, -65, -8192, -8193, math.MinInt32, -1 << 32, math.MinInt64 + 1, math.MinInt64,
-	}
-}
-
 // textOf is the text of r, by the library's numbers, whether or not r is formed.
 func textOf(r api.Req) []byte {
 	b := []byte{byte(r.Client), byte(r.Seq), byte(r.Op.Kind), byte(r.Op.Key)}
@@ -71,10 +63,11 @@ func opOf(client int) api.Op {
 // rightOps are ops that clients other than the administrator may ask for.
 func rightOps() []api.Op {
 	var l []api.Op
+	ends := samples.Ends()
 	for _, key := range []int{0, 1, 7, 15} {
 		l = append(l, api.Op{Kind: api.KGet, Key: key}, api.Op{Kind: api.KDel, Key: key})
-		for i, a := range ends() {
-			b := ends()[(i+7)%len(ends())]
+		for i, a := range ends {
+			b := ends[(i+7)%len(ends)]
 			l = append(l, api.Op{Kind: api.KPut, Key: key, A: a}, api.Op{Kind: api.KAdd, Key: key, A: a}, api.Op{Kind: api.KCas, Key: key, A: a, B: b})
 		}
 	}
@@ -123,7 +116,7 @@ func wrongOps() []api.Op {
 			l = append(l, api.Op{Kind: kind, Key: key})
 		}
 	}
-	for _, x := range ends()[1:] {
+	for _, x := range samples.Ends()[1:] {
 		l = append(l,
 			api.Op{Kind: api.KGet, A: x}, api.Op{Kind: api.KGet, B: x}, api.Op{Kind: api.KDel, A: x}, api.Op{Kind: api.KDel, B: x},
 			api.Op{Kind: api.KPut, B: x}, api.Op{Kind: api.KAdd, B: x}, api.Op{Kind: api.KPut, A: 5, B: x}, api.Op{Kind: api.KAdd, A: -5, B: x})
@@ -137,7 +130,7 @@ func wrongAdminOps() []api.Op {
 	for kind := api.KGet; kind <= api.KDel; kind++ {
 		l = append(l, api.Op{Kind: kind}, api.Op{Kind: kind, A: 31})
 	}
-	for _, x := range ends()[1:] {
+	for _, x := range samples.Ends()[1:] {
 		l = append(l, api.Op{Kind: api.KView, A: 31, B: x})
 		if x < 0 || x > 65535 {
 			l = append(l, api.Op{Kind: api.KView, A: x})

@@ -98,7 +98,7 @@ func TestRightView(t *testing.T) {
 			t.Fatalf("%v is right", op)
 		}
 	}
-	for _, a := range ends() {
+	for _, a := range samples.Ends() {
 		if got := reqs.Right(0, api.Op{Kind: api.KView, A: a}); got != (a >= 0 && a <= 65535) {
 			t.Errorf("a view of %d: %v", a, got)
 		}

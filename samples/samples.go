@@ -210,3 +210,12 @@ func Numbers() []int {
 		-1, -2, -128, -129, -256, -257, math.MinInt32, math.MinInt32 - 1, math.MinInt + 1, math.MinInt,
 	}
 }
+
+// Ends are numbers with a sign at the ends of what 64 bits tell, and of what less does:
+// 0 is the first.
+func Ends() []int64 {
+	return []int64{
+		0, 1, 2, 5, 63, 64, 127, 128, 8191, 8192, 65535, 65536, 65536 + 5, math.MaxInt32, 1 << 32, math.MaxInt64 - 1, math.MaxInt64,
+		-1, -2, -63, -64, -65, -8192, -8193, math.MinInt32, -1 << 32, math.MinInt64 + 1, math.MinInt64,
+	}
+}

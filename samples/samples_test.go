@@ -247,8 +247,28 @@ func TestApartMsg(t *testing.T) {
 
 // No number is there twice, and one that is handed out is nobody else's.
 func TestNumbers(t *testing.T) {
-	l := samples.Numbers()
-	seen := map[int]bool{}
+	single(t, samples.Numbers)
+}
+
+// Nor is one of the ends; folded they have few bytes, more, and as many as there may be.
+func TestEnds(t *testing.T) {
+	single(t, samples.Ends)
+	lengths := map[int]bool{}
+	for _, x := range samples.Ends() {
+		lengths[len(binary.AppendVarint(nil, x))] = true
+	}
+	for _, n := range []int{1, 2, 3, 5, 10} {
+		if !lengths[n] {
+			t.Errorf("none has %d bytes: %v", n, lengths)
+		}
+	}
+}
+
+// single checks that no number of the list is there twice, that it begins with 0 and has -1, and that each list is new.
+func single[N int | int64](t *testing.T, list func() []N) {
+	t.Helper()
+	l := list()
+	seen := map[N]bool{}
 	for i, n := range l {
 		if seen[n] {
 			t.Errorf("%d is there twice", n)
@@ -256,7 +276,7 @@ func TestNumbers(t *testing.T) {
 		seen[n] = true
 		l[i] = 7
 	}
-	if again := samples.Numbers(); len(again) != len(seen) || again[0] == 7 || !seen[0] || !seen[-1] {
+	if again := list(); len(again) != len(seen) || again[0] != 0 || !seen[0] || !seen[-1] {
 		t.Error("the numbers are others:", again)
 	}
 }
