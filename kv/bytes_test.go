@@ -32,14 +32,14 @@ func TestPutKnown(t *testing.T) {
 	putAndGot(t, values{0: value(64), 1: value(-64), 15: value(1)}, []byte{3, 0, 0x80, 1, 1, 0x7f, 15, 2})
 	putAndGot(t, only(7, value(math.MaxInt64)), []byte{1, 7, 0xfe, 0xff, 0xff, 0xff, 0xff, 0xff, 0xff, 0xff, 0xff, 1})
 	putAndGot(t, only(8, value(math.MinInt64)), []byte{1, 8, 0xff, 0xff, 0xff, 0xff, 0xff, 0xff, 0xff, 0xff, 0xff, 1})
-	putAndGot(t, among(allOf, []int64{0}), []byte{16, 0, 0, 1, 0, 2, 0, 3, 0, 4, 0, 5, 0, 6, 0, 7, 0, 8, 0, 9, 0, 10, 0, 11, 0, 12, 0, 13, 0, 14, 0, 15, 0})
+	putAndGot(t, samples.Among(allOf, []int64{0}), []byte{16, 0, 0, 1, 0, 2, 0, 3, 0, 4, 0, 5, 0, 6, 0, 7, 0, 8, 0, 9, 0, 10, 0, 11, 0, 12, 0, 13, 0, 14, 0, 15, 0})
 }
 
 // P14.2, P14.3: values of each set of keys are put, and got from that.
 func TestPutOfEachSet(t *testing.T) {
 	for set := range allOf + 1 {
-		c := among(set, []int64{0, -1, 300, 5, -70000})
-		putAndGot(t, c, bytesOf(c))
+		c := samples.Among(set, []int64{0, -1, 300, 5, -70000})
+		putAndGot(t, c, samples.CellsBytes(c))
 	}
 }
 
@@ -49,27 +49,27 @@ func TestPutOfEachValue(t *testing.T) {
 	for i, n := range ends {
 		for key := range keys {
 			c := only(key, value(n))
-			putAndGot(t, c, bytesOf(c))
+			putAndGot(t, c, samples.CellsBytes(c))
 		}
-		c := among(allOf, slices.Concat(ends[i:], ends[:i]))
-		putAndGot(t, c, bytesOf(c))
+		c := samples.Among(allOf, slices.Concat(ends[i:], ends[:i]))
+		putAndGot(t, c, samples.CellsBytes(c))
 	}
 	r := chance()
 	for range 3000 {
-		c := anyValues(r)
-		putAndGot(t, c, bytesOf(c))
+		c := samples.AnyCells(r)
+		putAndGot(t, c, samples.CellsBytes(c))
 	}
 }
 
 // P14.2, R3: a number where there is no value isn't put, and is got as 0.
 func TestPutOfStrayNumbers(t *testing.T) {
 	r := chance()
-	for _, c := range []values{{}, only(3, value(5)), anyValues(r), anyValues(r), anyValues(r)} {
-		if b := kv.Put(strayed(c)); !bytes.Equal(b, bytesOf(c)) {
-			t.Errorf("%v: % x; want % x", strayed(c), b, bytesOf(c))
+	for _, c := range []values{{}, only(3, value(5)), samples.AnyCells(r), samples.AnyCells(r), samples.AnyCells(r)} {
+		if b := kv.Put(samples.Strayed(c)); !bytes.Equal(b, samples.CellsBytes(c)) {
+			t.Errorf("%v: % x; want % x", samples.Strayed(c), b, samples.CellsBytes(c))
 		}
-		if d, e := kv.Get(kv.Put(strayed(c))); e != api.OK || d != c {
-			t.Errorf("%v is got as %v, %v", strayed(c), d, e)
+		if d, e := kv.Get(kv.Put(samples.Strayed(c))); e != api.OK || d != c {
+			t.Errorf("%v is got as %v, %v", samples.Strayed(c), d, e)
 		}
 	}
 }
@@ -77,12 +77,12 @@ func TestPutOfStrayNumbers(t *testing.T) {
 // P14.2: bytes that end anywhere within are too short.
 func TestGetShort(t *testing.T) {
 	r := chance()
-	l := []values{among(allOf, samples.Ends()), among(allOf, []int64{0}), only(15, value(math.MinInt64))}
+	l := []values{samples.Among(allOf, samples.Ends()), samples.Among(allOf, []int64{0}), only(15, value(math.MinInt64))}
 	for range 100 {
-		l = append(l, anyValues(r))
+		l = append(l, samples.AnyCells(r))
 	}
 	for _, c := range l {
-		b := bytesOf(c)
+		b := samples.CellsBytes(c)
 		for n := range b {
 			refusedGet(t, "cut", b[:n], api.ErrShort)
 		}
@@ -91,16 +91,16 @@ func TestGetShort(t *testing.T) {
 
 // P14.2: bytes that are left are refused.
 func TestGetLeft(t *testing.T) {
-	for _, c := range []values{{}, only(0, value(0)), only(15, value(300)), among(allOf, samples.Ends())} {
+	for _, c := range []values{{}, only(0, value(0)), only(15, value(300)), samples.Among(allOf, samples.Ends())} {
 		for _, left := range [][]byte{{0}, {15}, {16}, {0xff}, {15, 0}, {0x80, 0x80}, make([]byte, 300)} {
-			refusedGet(t, "left", append(bytesOf(c), left...), api.ErrForm)
+			refusedGet(t, "left", append(samples.CellsBytes(c), left...), api.ErrForm)
 		}
 	}
 }
 
 // P14.2: sixteen keys at most: a greater number is met ahead of all that is behind it; so is one that isn't told rightly.
 func TestGetCount(t *testing.T) {
-	whole := bytesOf(among(allOf, []int64{0}))[1:]
+	whole := samples.CellsBytes(samples.Among(allOf, []int64{0}))[1:]
 	for _, behind := range [][]byte{nil, whole, {0x80, 0}, {16, 0}, {3, 0, 3, 0}} {
 		for _, n := range []uint64{17, 18, 127, 128, 256, 256 + 2, 1 << 16, 1<<32 + 2, 1 << 63, math.MaxUint64} {
 			refusedGet(t, "too many", listed(n, behind), api.ErrRange)
@@ -111,7 +111,7 @@ func TestGetCount(t *testing.T) {
 	}
 	for n := range uint64(keys + 1) {
 		b := whole[:2*n]
-		if c, e := kv.Get(listed(n, b)); e != api.OK || c != among(1<<n-1, []int64{0}) {
+		if c, e := kv.Get(listed(n, b)); e != api.OK || c != samples.Among(1<<n-1, []int64{0}) {
 			t.Errorf("%d keys: %v, %v", n, c, e)
 		}
 		if n > 0 {
@@ -180,7 +180,7 @@ func TestGetOfAnyBytes(t *testing.T) {
 	r := chance()
 	count := map[api.Errno]int{}
 	for range 20000 {
-		b := bytesOf(anyValues(r))
+		b := samples.CellsBytes(samples.AnyCells(r))
 		switch r.IntN(3) {
 		case 0:
 			b[r.IntN(len(b))] ^= 1 << r.IntN(8)

@@ -58,7 +58,7 @@ func TestDoKnown(t *testing.T) {
 			c.op.Key = key
 			want := api.Res{OK: c.ok, N: c.n}
 			comes(t, only(key, c.had), c.op, only(key, c.then), want)
-			others := among(allOf, []int64{3, -4, 0, 1 << 40})
+			others := samples.Among(allOf, []int64{3, -4, 0, 1 << 40})
 			behind := others
 			others[key], behind[key] = c.had, c.then
 			comes(t, others, c.op, behind, want)
@@ -155,7 +155,7 @@ func TestDoOtherKinds(t *testing.T) {
 			for _, a := range []int64{0, 7, 15} {
 				op := api.Op{Kind: kind, Key: key, A: a, B: 8}
 				comes(t, values{}, op, values{}, api.Res{})
-				all := among(allOf, []int64{7, 0, -1})
+				all := samples.Among(allOf, []int64{7, 0, -1})
 				comes(t, all, op, all, api.Res{})
 			}
 		}
@@ -173,7 +173,7 @@ func TestDoOtherKeys(t *testing.T) {
 			for _, a := range []int64{0, 7, -1} {
 				op := api.Op{Kind: kind, Key: key, A: a, B: 8}
 				comes(t, values{}, op, values{}, api.Res{})
-				all := among(allOf, []int64{7, 0, -1})
+				all := samples.Among(allOf, []int64{7, 0, -1})
 				comes(t, all, op, all, api.Res{})
 			}
 		}
@@ -184,17 +184,17 @@ func TestDoOtherKeys(t *testing.T) {
 func TestDoOfStrayNumbers(t *testing.T) {
 	r := chance()
 	for range 3000 {
-		c, op := anyValues(r), anyOp(r)
+		c, op := samples.AnyCells(r), anyOp(r)
 		behind, res := kv.Do(c, op)
-		comes(t, strayed(c), op, behind, res)
+		comes(t, samples.Strayed(c), op, behind, res)
 	}
 	for kind := 0; kind < kinds+2; kind++ {
 		for _, key := range []int{-1, 0, 5, 15, 16} {
-			for _, a := range []int64{0, marked + 5} {
+			for _, a := range []int64{0, samples.Strayed(values{})[5].N} {
 				op := api.Op{Kind: kind, Key: key, A: a, B: 8}
 				s := service{}
 				want := s.do(op)
-				comes(t, strayed(values{}), op, s.values(), want)
+				comes(t, samples.Strayed(values{}), op, s.values(), want)
 			}
 		}
 	}
@@ -202,14 +202,14 @@ func TestDoOfStrayNumbers(t *testing.T) {
 
 // anyOp is an op of any kind and any key, at times of none that there is, with numbers that are often the same ones.
 func anyOp(r *rand.Rand) api.Op {
-	return api.Op{Kind: r.IntN(kinds + 2), Key: r.IntN(keys+2) - 1, A: anyNumber(r), B: anyNumber(r)}
+	return api.Op{Kind: r.IntN(kinds + 2), Key: r.IntN(keys+2) - 1, A: samples.AnyNumber(r), B: samples.AnyNumber(r)}
 }
 
 // P14.1: ops one behind the other, held against the model behind each: of all keys, and of so few that each is met again and again.
 func TestSessions(t *testing.T) {
 	r := chance()
 	for round := range 300 {
-		c := anyValues(r)
+		c := samples.AnyCells(r)
 		s := modelOf(c)
 		for range 60 {
 			op := anyOp(r)
@@ -237,7 +237,7 @@ func TestAnyOrder(t *testing.T) {
 					if one == other {
 						continue
 					}
-					c, op, behind := anyValues(r), anyOp(r), anyOp(r)
+					c, op, behind := samples.AnyCells(r), anyOp(r), anyOp(r)
 					op.Kind, op.Key, behind.Kind, behind.Key = first, one, second, other
 					bothOrders(t, c, op, behind)
 				}
@@ -262,7 +262,7 @@ func bothOrders(t *testing.T, c values, one, other api.Op) {
 func TestAnyOrderOfMany(t *testing.T) {
 	r := chance()
 	for range 500 {
-		c := anyValues(r)
+		c := samples.AnyCells(r)
 		var ops [keys]api.Op
 		var first [keys]api.Res
 		ahead := c

@@ -12,10 +12,9 @@ import (
 )
 
 const (
-	keys   = 16        // keys that there are
-	allOf  = 1<<16 - 1 // the set of all of them, a bit each
-	kinds  = 5         // kinds of ops that do something, from 1 on
-	marked = -999      // a number that stands where there is no value
+	keys  = 16        // keys that there are
+	allOf = 1<<16 - 1 // the set of all of them, a bit each
+	kinds = 5         // kinds of ops that do something, from 1 on
 )
 
 // values are those of all keys.
@@ -30,49 +29,6 @@ func value(n int64) api.Cell {
 func only(key int, cell api.Cell) values {
 	var c values
 	c[key] = cell
-	return c
-}
-
-// among are values of the keys of a set, a bit each: one behind the other those of the list, again and again.
-func among(set int, l []int64) values {
-	var c values
-	for key := range keys {
-		if set>>key&1 == 1 {
-			c[key] = value(l[key%len(l)])
-		}
-	}
-	return c
-}
-
-// anyValues are values of any keys, small ones and great ones.
-func anyValues(r *rand.Rand) values {
-	c := among(r.IntN(allOf+1), []int64{0})
-	for key := range c {
-		if c[key].There {
-			c[key].N = anyNumber(r)
-		}
-	}
-	return c
-}
-
-// anyNumber is one at an end, a small one or any of 64 bits.
-func anyNumber(r *rand.Rand) int64 {
-	switch ends := samples.Ends(); r.IntN(3) {
-	case 0:
-		return ends[r.IntN(len(ends))]
-	case 1:
-		return int64(r.IntN(5)) - 2
-	}
-	return int64(r.Uint64())
-}
-
-// strayed is c with a number at each key that has no value: one that means nothing.
-func strayed(c values) values {
-	for key, cell := range c {
-		if !cell.There {
-			c[key].N = marked + int64(key)
-		}
-	}
 	return c
 }
 
@@ -93,17 +49,6 @@ func pair(key byte, n int64) []byte {
 // listed are the bytes of so many pairs, and these; n may be another number than they are.
 func listed(n uint64, pairs ...[]byte) []byte {
 	return append(binary.AppendUvarint(nil, n), slices.Concat(pairs...)...)
-}
-
-// bytesOf are the bytes of values, by the library's numbers.
-func bytesOf(c values) []byte {
-	var pairs [][]byte
-	for key, cell := range c {
-		if cell.There {
-			pairs = append(pairs, pair(byte(key), cell.N))
-		}
-	}
-	return listed(uint64(len(pairs)), pairs...)
 }
 
 // refusedGet checks that b tells no values, but the error want.

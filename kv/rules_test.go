@@ -20,14 +20,14 @@ func TestNilIsNothing(t *testing.T) {
 // R4: bytes that are handed in aren't changed, spare room included, and what is behind them tells nothing.
 func TestBytesStay(t *testing.T) {
 	same := func(c, d values) bool { return c == d }
-	b := bytesOf(among(allOf, samples.Ends()))
+	b := samples.CellsBytes(samples.Among(allOf, samples.Ends()))
 	samples.Leaves(t, kv.Get, same, nil, b[:1], b[:5], b, append(slices.Clone(b), 0), []byte{0}, []byte{1, 3, 5}, []byte{1, 16, 5}, []byte{17})
 }
 
 // R4: bytes that are answered are new memory, spare room included: whoever writes into them changes no values and no other answer.
 func TestPutIsNew(t *testing.T) {
-	for _, c := range []values{{}, only(3, value(5)), among(allOf, samples.Ends())} {
-		want := bytesOf(c)
+	for _, c := range []values{{}, only(3, value(5)), samples.Among(allOf, samples.Ends())} {
+		want := samples.CellsBytes(c)
 		first, second := kv.Put(c), kv.Put(c)
 		samples.Spoil(first)
 		if !bytes.Equal(second, want) || !bytes.Equal(kv.Put(c), want) {
@@ -46,7 +46,7 @@ func TestSameAgain(t *testing.T) {
 	}
 	var l []call
 	for range 300 {
-		c, op := anyValues(r), anyOp(r)
+		c, op := samples.AnyCells(r), anyOp(r)
 		s := modelOf(c)
 		res := s.do(op)
 		l = append(l, call{c, s.values(), op, res})
@@ -57,7 +57,7 @@ func TestSameAgain(t *testing.T) {
 			for _, x := range slices.Backward(l) {
 				refusedGet(t, "too many", []byte{17}, api.ErrRange)
 				comes(t, x.c, x.op, x.behind, x.res)
-				putAndGot(t, x.c, bytesOf(x.c))
+				putAndGot(t, x.c, samples.CellsBytes(x.c))
 			}
 		})
 	}
@@ -70,7 +70,7 @@ func TestNeverPanics(t *testing.T) {
 	all := samples.Numbers()
 	some := func() int { return all[r.IntN(len(all))] }
 	for range 5000 {
-		c := strayed(anyValues(r))
+		c := samples.Strayed(samples.AnyCells(r))
 		op := anyOp(r)
 		kv.Do(c, op)
 		kv.Do(c, api.Op{Kind: some(), Key: some(), A: int64(some()), B: int64(some())})

@@ -31,7 +31,7 @@ func formedBatches() [][]api.Req {
 		var batch []api.Req
 		for client := range 1 + r.IntN(4) {
 			one := all[r.IntN(len(all))]
-			one.Client, one.Op = client, opOf(client)
+			one.Client, one.Op = client, samples.OpOf(client)
 			batch = append(batch, one)
 		}
 		r.Shuffle(len(batch), func(i, j int) { batch[i], batch[j] = batch[j], batch[i] })

@@ -49,36 +49,14 @@ func bytesOfBatch(l []api.Req) []byte {
 
 // put is a request of a key and a number, that nobody signed.
 func put(client, seq int) api.Req {
-	return api.Req{Client: client, Seq: seq, Op: opOf(client)}
-}
-
-// opOf is an op that is right for the client.
-func opOf(client int) api.Op {
-	if client == 0 {
-		return api.Op{Kind: api.KView, A: 31}
-	}
-	return api.Op{Kind: api.KPut, Key: 3, A: 5}
-}
-
-// rightOps are ops that clients other than the administrator may ask for.
-func rightOps() []api.Op {
-	var l []api.Op
-	ends := samples.Ends()
-	for _, key := range []int{0, 1, 7, 15} {
-		l = append(l, api.Op{Kind: api.KGet, Key: key}, api.Op{Kind: api.KDel, Key: key})
-		for i, a := range ends {
-			b := ends[(i+7)%len(ends)]
-			l = append(l, api.Op{Kind: api.KPut, Key: key, A: a}, api.Op{Kind: api.KAdd, Key: key, A: a}, api.Op{Kind: api.KCas, Key: key, A: a, B: b})
-		}
-	}
-	return l
+	return api.Req{Client: client, Seq: seq, Op: samples.OpOf(client)}
 }
 
 // formedReqs are requests that are formed, with signatures that are bytes of any sort.
 func formedReqs() []api.Req {
 	r := chance()
 	var l []api.Req
-	for i, op := range rightOps() {
+	for i, op := range samples.RightOps() {
 		n := []int{0, 1, 127, 128, 657, 999, sigRoom}[i%7]
 		l = append(l, api.Req{Client: 1 + i%5, Seq: 1 + i%seqs, Op: op, Sig: samples.Text(r, n)})
 	}
@@ -97,44 +75,11 @@ func wrongReqs() []api.Req {
 	for _, seq := range []int{0, 9, 10, 16, 128, 255} {
 		l = append(l, put(0, seq), put(1, seq), put(5, seq))
 	}
-	for _, op := range wrongOps() {
+	for _, op := range samples.WrongOps() {
 		l = append(l, api.Req{Client: 1, Seq: 1, Op: op}, api.Req{Client: 5, Seq: 8, Op: op})
 	}
-	for _, op := range wrongAdminOps() {
+	for _, op := range samples.WrongAdminOps() {
 		l = append(l, api.Req{Client: 0, Seq: 1, Op: op})
-	}
-	return l
-}
-
-// wrongOps are ops that no client but the administrator may ask for, of which the bytes can tell it.
-func wrongOps() []api.Op {
-	l := []api.Op{
-		{}, {Kind: 0, Key: 3}, {Kind: api.KView}, {Kind: api.KView, A: 31}, {Kind: 7}, {Kind: 128}, {Kind: 255},
-	}
-	for _, kind := range []int{api.KGet, api.KPut, api.KAdd, api.KCas, api.KDel} {
-		for _, key := range []int{16, 17, 31, 128, 255} {
-			l = append(l, api.Op{Kind: kind, Key: key})
-		}
-	}
-	for _, x := range samples.Ends()[1:] {
-		l = append(l,
-			api.Op{Kind: api.KGet, A: x}, api.Op{Kind: api.KGet, B: x}, api.Op{Kind: api.KDel, A: x}, api.Op{Kind: api.KDel, B: x},
-			api.Op{Kind: api.KPut, B: x}, api.Op{Kind: api.KAdd, B: x}, api.Op{Kind: api.KPut, A: 5, B: x}, api.Op{Kind: api.KAdd, A: -5, B: x})
-	}
-	return l
-}
-
-// wrongAdminOps are ops that the administrator may not ask for, of which the bytes can tell it.
-func wrongAdminOps() []api.Op {
-	l := []api.Op{{}, {Kind: 7, A: 31}, {Kind: 255, A: 31}, {Kind: api.KView, Key: 1, A: 31}, {Kind: api.KView, Key: 255, A: 31}}
-	for kind := api.KGet; kind <= api.KDel; kind++ {
-		l = append(l, api.Op{Kind: kind}, api.Op{Kind: kind, A: 31})
-	}
-	for _, x := range samples.Ends()[1:] {
-		l = append(l, api.Op{Kind: api.KView, A: 31, B: x})
-		if x < 0 || x > 65535 {
-			l = append(l, api.Op{Kind: api.KView, A: x})
-		}
 	}
 	return l
 }

@@ -69,17 +69,17 @@ func TestRightFar(t *testing.T) {
 
 // P7.1: what is right, and what isn't, written out.
 func TestRightKnown(t *testing.T) {
-	for _, op := range rightOps() {
+	for _, op := range samples.RightOps() {
 		if !reqs.Right(1, op) || !reqs.Right(5, op) || reqs.Right(0, op) {
 			t.Errorf("%v", op)
 		}
 	}
-	for _, op := range wrongOps() {
+	for _, op := range samples.WrongOps() {
 		if reqs.Right(1, op) || reqs.Right(5, op) {
 			t.Errorf("%v is right", op)
 		}
 	}
-	for _, op := range wrongAdminOps() {
+	for _, op := range samples.WrongAdminOps() {
 		if reqs.Right(0, op) {
 			t.Errorf("the administrator's %v is right", op)
 		}

@@ -62,25 +62,15 @@ func right(num int) bool {
 	return num >= 0 && num <= 60
 }
 
-// wrongMasks are masks of too few members, and of too many.
-func wrongMasks() []uint16 {
-	return []uint16{0, 1, 0x8000, 3, 0x8001, 7, 0x0111, 0xe000, 0xff, 0xff00, 0x0f1f, 0x7fff, 0xfffe, 0xffff}
-}
-
-// rightMasks are masks of four to seven members, low and high ones.
-func rightMasks() []uint16 {
-	return []uint16{15, 0xf000, 0x8015, 0x1111, 31, 0xf800, 0x8183, 63, 0xfc00, 0x5454, 127, 0xfe00, 0x5554, 0x2aaa}
-}
-
 // wrongViews are views that aren't right: by the number, the mask, or both.
 func wrongViews() []api.View {
 	var l []api.View
 	for _, num := range numbers() {
-		for _, mask := range wrongMasks() {
+		for _, mask := range samples.WrongMasks() {
 			l = append(l, api.View{Num: num, Mask: mask})
 		}
 		if !right(num) {
-			for _, mask := range rightMasks() {
+			for _, mask := range samples.RightMasks() {
 				l = append(l, api.View{Num: num, Mask: mask})
 			}
 		}
@@ -92,7 +82,7 @@ func wrongViews() []api.View {
 func rightViews() []api.View {
 	var l []api.View
 	for num := range 61 {
-		for _, mask := range rightMasks() {
+		for _, mask := range samples.RightMasks() {
 			l = append(l, api.View{Num: num, Mask: mask})
 		}
 	}

@@ -52,12 +52,12 @@ func TestMembersKnown(t *testing.T) {
 // P6.1: the numbers at the ends of what is right, and far beyond; with 4 to 7 members.
 func TestRight(t *testing.T) {
 	for _, num := range numbers() {
-		for _, mask := range rightMasks() {
+		for _, mask := range samples.RightMasks() {
 			if v := (api.View{Num: num, Mask: mask}); views.Right(v) != right(num) {
 				t.Errorf("%v is right: %v", v, views.Right(v))
 			}
 		}
-		for _, mask := range wrongMasks() {
+		for _, mask := range samples.WrongMasks() {
 			if v := (api.View{Num: num, Mask: mask}); views.Right(v) {
 				t.Errorf("%v is right", v)
 			}

@@ -4,14 +4,15 @@ import (
 	"testing"
 
 	"consistory/api"
+	"consistory/samples"
 	"consistory/views"
 )
 
 // P6.3: behind a view comes the one with the next number, and each mask that may be.
 func TestNext(t *testing.T) {
 	for num := range 60 {
-		for _, mask := range rightMasks() {
-			for _, to := range rightMasks() {
+		for _, mask := range samples.RightMasks() {
+			for _, to := range samples.RightMasks() {
 				v, want := api.View{Num: num, Mask: mask}, api.View{Num: num + 1, Mask: to}
 				if got, e := views.Next(v, int64(to)); got != want || e != api.OK {
 					t.Fatalf("behind %v with %x: %v, %v", v, to, got, e)
@@ -46,8 +47,8 @@ func TestNextOfFarMasks(t *testing.T) {
 
 // P6.3: behind the view 60 there is none, nor behind one that isn't right.
 func TestNextOfOtherViews(t *testing.T) {
-	for _, mask := range rightMasks() {
-		for _, to := range rightMasks() {
+	for _, mask := range samples.RightMasks() {
+		for _, to := range samples.RightMasks() {
 			refusedNext(t, api.View{Num: 60, Mask: mask}, int64(to))
 		}
 	}
@@ -64,7 +65,7 @@ func TestNextOfOtherViews(t *testing.T) {
 func TestNextInTurn(t *testing.T) {
 	v := api.View{Mask: 15}
 	for i := range 60 {
-		mask := rightMasks()[i%len(rightMasks())]
+		mask := samples.RightMasks()[i%len(samples.RightMasks())]
 		w, e := views.Next(v, int64(mask))
 		if e != api.OK || w != (api.View{Num: i + 1, Mask: mask}) || !views.Right(w) {
 			t.Fatalf("behind %v with %x: %v, %v", v, mask, w, e)

@@ -5,6 +5,7 @@ import (
 	"testing"
 
 	"consistory/api"
+	"consistory/samples"
 	"consistory/views"
 )
 
@@ -37,7 +38,7 @@ func shareMore(t *testing.T, what string, one, other []uint16, f int) {
 
 // P6.4: two quorums share more than f members, and so do a quorum and enough: set by set.
 func TestQuorumsShare(t *testing.T) {
-	for _, mask := range rightMasks() {
+	for _, mask := range samples.RightMasks() {
 		v := api.View{Num: 5, Mask: mask}
 		quorums, f := setsOf(v, views.Quorum(v)), views.Faults(v)
 		shareMore(t, "two quorums", quorums, quorums, f)

@@ -25,7 +25,7 @@ func TestViewIsKey(t *testing.T) {
 		if at, ok := place[got]; !ok || at != i {
 			t.Errorf("%v is found at %d, %v", v, at, ok)
 		}
-		if next, e := views.Next(v, int64(v.Mask)); e == api.OK && place[next] != i+len(rightMasks()) {
+		if next, e := views.Next(v, int64(v.Mask)); e == api.OK && place[next] != i+len(samples.RightMasks()) {
 			t.Errorf("the next of %v is found at %d", v, place[next])
 		}
 	}
@@ -114,7 +114,7 @@ func TestSameAgain(t *testing.T) {
 func TestNeverPanics(t *testing.T) {
 	r := chance()
 	for _, num := range numbers() {
-		for _, mask := range append(wrongMasks(), rightMasks()...) {
+		for _, mask := range append(samples.WrongMasks(), samples.RightMasks()...) {
 			v := api.View{Num: num, Mask: mask}
 			for _, n := range numbers() {
 				views.Has(v, n)
