@@ -40,10 +40,7 @@ func TestBatchStays(t *testing.T) {
 		}
 		before := slices.Clone(whole)
 		behind, replies := execs.Do(w, whole[:len(l)])
-		same := func(q, s api.Req) bool {
-			return q.Client == s.Client && q.Seq == s.Seq && q.Op == s.Op && bytes.Equal(q.Sig, s.Sig)
-		}
-		if !stay() || !slices.EqualFunc(whole, before, same) {
+		if !stay() || !samples.SameReqs(whole, before) {
 			t.Errorf("%v is changed", l)
 		}
 		comes(t, "without room", w, l, behind, replies...)

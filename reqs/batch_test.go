@@ -26,7 +26,7 @@ func formedBatches() [][]api.Req {
 		{put(3, 3), put(4, 1), put(5, 1), put(3, 4)},
 	}
 	r := chance()
-	all := formedReqs()
+	all := samples.FormedReqs(chance())
 	for range 200 {
 		var batch []api.Req
 		for client := range 1 + r.IntN(4) {
@@ -67,7 +67,7 @@ func TestPutBatchKnown(t *testing.T) {
 	if got, e := reqs.PutBatch(l); e != api.OK || !bytes.Equal(got, want) {
 		t.Errorf("% x, %v; want % x", got, e, want)
 	}
-	if got, e := reqs.GetBatch(want); e != api.OK || !sameAll(got, l) {
+	if got, e := reqs.GetBatch(want); e != api.OK || !samples.SameReqs(got, l) {
 		t.Errorf("%v, %v; want %v", got, e, l)
 	}
 }
@@ -78,7 +78,7 @@ func TestBatches(t *testing.T) {
 		if got, e := reqs.PutBatch(l); e != api.OK || !bytes.Equal(got, bytesOfBatch(l)) {
 			t.Errorf("%v: % x, %v", l, got, e)
 		}
-		if got, e := reqs.GetBatch(bytesOfBatch(l)); e != api.OK || !sameAll(got, l) {
+		if got, e := reqs.GetBatch(bytesOfBatch(l)); e != api.OK || !samples.SameReqs(got, l) {
 			t.Errorf("%v is got as %v, %v", l, got, e)
 		}
 	}
@@ -87,7 +87,7 @@ func TestBatches(t *testing.T) {
 // P7.3: one that isn't formed has no bytes: neither none nor too many requests, none that isn't formed, and of each client they rise.
 func TestPutBatchOfWrong(t *testing.T) {
 	wrong := append(wrongBatches(), nil, []api.Req{}, []api.Req{put(1, 1), put(2, 1), put(3, 1), put(4, 1), put(5, 1)}, make([]api.Req, 3), make([]api.Req, 1000))
-	for _, r := range append(wrongReqs(), farReqs()...) {
+	for _, r := range append(samples.WrongReqs(), samples.FarReqs()...) {
 		wrong = append(wrong, []api.Req{r}, []api.Req{put(1, 1), put(1, 2), put(4, 5), r}, []api.Req{r, put(2, 3)})
 	}
 	for i, l := range wrong {
@@ -103,7 +103,7 @@ func TestGetBatchOfWrong(t *testing.T) {
 		refusedBatch(t, "not formed", bytesOfBatch(l), api.ErrArg)
 	}
 	refusedBatch(t, "no requests", []byte{0}, api.ErrArg)
-	for _, r := range wrongReqs() {
+	for _, r := range samples.WrongReqs() {
 		refusedBatch(t, "one isn't formed", bytesOfBatch([]api.Req{r}), api.ErrArg)
 		refusedBatch(t, "the last one isn't formed", bytesOfBatch([]api.Req{put(4, 1), put(3, 1), r}), api.ErrArg)
 	}
@@ -182,7 +182,7 @@ func TestGetBatchBounds(t *testing.T) {
 	refusedBatch(t, "2001 bytes, of which a few are a request", samples.CountAnd(1, append(slices.Clone(one), make([]byte, 2001-len(one))...)), api.ErrRange)
 	r := put(1, 1)
 	r.Sig = make([]byte, 1000)
-	if l, e := reqs.GetBatch(samples.CountAnd(1, bytesOf(r))); e != api.OK || !sameAll(l, []api.Req{r}) {
+	if l, e := reqs.GetBatch(samples.CountAnd(1, bytesOf(r))); e != api.OK || !samples.SameReqs(l, []api.Req{r}) {
 		t.Errorf("1000 bytes of signature: %v, %v", l, e)
 	}
 	r.Sig = make([]byte, 1001)
@@ -225,7 +225,7 @@ func TestCheckBatch(t *testing.T) {
 		for i, r := range l {
 			l[i] = own(t, master, r)
 		}
-		if got, e := reqs.CheckBatch(k, bytesOfBatch(l)); e != api.OK || !sameAll(got, l) {
+		if got, e := reqs.CheckBatch(k, bytesOfBatch(l)); e != api.OK || !samples.SameReqs(got, l) {
 			t.Errorf("%v: %v, %v", l, got, e)
 		}
 	}
@@ -267,7 +267,7 @@ func TestCheckBatchOfWrong(t *testing.T) {
 			}
 		}
 	}
-	if l, e := reqs.CheckBatch(k, bytesOfBatch(whole)); e != api.OK || !sameAll(l, whole) {
+	if l, e := reqs.CheckBatch(k, bytesOfBatch(whole)); e != api.OK || !samples.SameReqs(l, whole) {
 		t.Errorf("all are right: %v, %v", l, e)
 	}
 	refusedCheck(t, "no keys", api.Keys{}, bytesOfBatch(whole), api.ErrWho)
@@ -300,7 +300,7 @@ func TestBatchOfAnyBytes(t *testing.T) {
 			}
 			got++
 			again, e := reqs.PutBatch(back)
-			if e != api.OK || !bytes.Equal(again, b) || sameAll(back, l) {
+			if e != api.OK || !bytes.Equal(again, b) || samples.SameReqs(back, l) {
 				t.Errorf("% x: % x, %v", b, again, e)
 			}
 		}
@@ -312,15 +312,15 @@ func TestBatchOfAnyBytes(t *testing.T) {
 
 // P7.4: what is put is got, one by one and in batches.
 func TestPutIsGot(t *testing.T) {
-	for _, r := range formedReqs() {
+	for _, r := range samples.FormedReqs(chance()) {
 		b, _ := reqs.Put(r)
-		if got, e := reqs.Get(b); e != api.OK || !same(got, r) {
+		if got, e := reqs.Get(b); e != api.OK || !samples.SameReq(got, r) {
 			t.Errorf("%v is got as %v, %v", r, got, e)
 		}
 	}
 	for _, l := range formedBatches() {
 		b, _ := reqs.PutBatch(l)
-		if got, e := reqs.GetBatch(b); e != api.OK || !sameAll(got, l) {
+		if got, e := reqs.GetBatch(b); e != api.OK || !samples.SameReqs(got, l) {
 			t.Errorf("%v is got as %v, %v", l, got, e)
 		}
 	}

@@ -138,7 +138,7 @@ func TestCheckNotFormed(t *testing.T) {
 	master := samples.Hash(chance())
 	k := keys.Table(master)
 	more := api.Keys{Roots: append(slices.Clone(k.Roots), k.Roots...)}
-	for _, r := range append(wrongReqs(), farReqs()...) {
+	for _, r := range append(samples.WrongReqs(), samples.FarReqs()...) {
 		for _, with := range []api.Keys{{}, k, more} {
 			if e := reqs.Check(with, r); e != api.ErrArg {
 				t.Errorf("%v: %v", r, e)

@@ -52,7 +52,7 @@ func TestRequestsStay(t *testing.T) {
 	if !bytes.Equal(whole, before) {
 		t.Error("a signature is changed")
 	}
-	if !sameAll(l, []api.Req{r, put(2, 1)}) || !isZero(l[:5][2]) || !isZero(l[:5][4]) {
+	if !samples.SameReqs(l, []api.Req{r, put(2, 1)}) || !isZero(l[:5][2]) || !isZero(l[:5][4]) {
 		t.Error("a list is changed")
 	}
 	if !slices.Equal(k.Roots, roots) {
@@ -78,7 +78,7 @@ func TestBytesStay(t *testing.T) {
 		s, e2 := reqs.Get(b)
 		l2, f2 := reqs.GetBatch(b)
 		m2, g2 := reqs.CheckBatch(k, b)
-		if e != e2 || f != f2 || g != g2 || !same(r, s) || !sameAll(l, l2) || !sameAll(m, m2) {
+		if e != e2 || f != f2 || g != g2 || !samples.SameReq(r, s) || !samples.SameReqs(l, l2) || !samples.SameReqs(m, m2) {
 			t.Errorf("%d bytes are another thing with room behind", len(b))
 		}
 	}
@@ -93,7 +93,7 @@ func TestGotIsNew(t *testing.T) {
 	again, _ := reqs.Get(b)
 	samples.Spoil(again.Sig)
 	samples.Spoil(b)
-	if !same(got, r) {
+	if !samples.SameReq(got, r) {
 		t.Errorf("%v; want %v", got, r)
 	}
 	l := []api.Req{r, put(2, 1), r}
@@ -107,16 +107,16 @@ func TestGotIsNew(t *testing.T) {
 	}
 	clear(other[:cap(other)])
 	samples.Spoil(b)
-	if !sameAll(back, l) {
+	if !samples.SameReqs(back, l) {
 		t.Errorf("%v; want %v", back, l)
 	}
 	// No request of a list has another one's memory.
 	samples.Spoil(back[0].Sig)
-	if !sameAll(back[1:], l[1:]) {
+	if !samples.SameReqs(back[1:], l[1:]) {
 		t.Error("a request changes with the one ahead of it")
 	}
 	samples.Spoil(back[1].Sig)
-	if !same(back[2], l[2]) {
+	if !samples.SameReq(back[2], l[2]) {
 		t.Error("a request changes with the one ahead of it")
 	}
 }
@@ -132,7 +132,7 @@ func TestCheckedIsNew(t *testing.T) {
 	samples.Spoil(other[0].Sig)
 	clear(other[:cap(other)])
 	samples.Spoil(b)
-	if !sameAll(back, l) {
+	if !samples.SameReqs(back, l) {
 		t.Error("it changes with an earlier answer, or the bytes")
 	}
 }
@@ -170,7 +170,7 @@ func TestSameAgain(t *testing.T) {
 	master := samples.Hash(chance())
 	k := keys.Table(master)
 	right := own(t, master, put(1, 1))
-	all := formedReqs()
+	all := samples.FormedReqs(chance())
 	batches := formedBatches()
 	var w sync.WaitGroup
 	for range 4 {
@@ -182,7 +182,7 @@ func TestSameAgain(t *testing.T) {
 				}
 			}
 			for _, l := range batches {
-				if got, e := reqs.GetBatch(bytesOfBatch(l)); e != api.OK || !sameAll(got, l) {
+				if got, e := reqs.GetBatch(bytesOfBatch(l)); e != api.OK || !samples.SameReqs(got, l) {
 					t.Errorf("%v is got otherwise", l)
 				}
 				refusedGet(t, "nothing", nil, api.ErrShort)

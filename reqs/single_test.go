@@ -48,7 +48,7 @@ func TestPutKnown(t *testing.T) {
 
 // P7.1: of each request that is formed the text, which hangs on no signature, and the bytes; and it is got from them.
 func TestFormed(t *testing.T) {
-	for _, r := range formedReqs() {
+	for _, r := range samples.FormedReqs(chance()) {
 		if got := reqs.Text(r); !bytes.Equal(got, textOf(r)) {
 			t.Errorf("%v: the text % x", r, got)
 		}
@@ -56,7 +56,7 @@ func TestFormed(t *testing.T) {
 		if e != api.OK || !bytes.Equal(b, bytesOf(r)) {
 			t.Errorf("%v: % x, %v", r, b, e)
 		}
-		if got, e := reqs.Get(bytesOf(r)); e != api.OK || !same(got, r) {
+		if got, e := reqs.Get(bytesOf(r)); e != api.OK || !samples.SameReq(got, r) {
 			t.Errorf("%v is got as %v, %v", r, got, e)
 		}
 	}
@@ -80,7 +80,7 @@ func TestFormedNumbers(t *testing.T) {
 
 // P7.1: one that isn't formed has neither a text nor bytes.
 func TestNotFormed(t *testing.T) {
-	for _, r := range append(wrongReqs(), farReqs()...) {
+	for _, r := range append(samples.WrongReqs(), samples.FarReqs()...) {
 		if got := reqs.Text(r); len(got) != 0 {
 			t.Errorf("%v: the text % x", r, got)
 		}
@@ -92,7 +92,7 @@ func TestNotFormed(t *testing.T) {
 
 // P7.1: bytes that tell a request that isn't formed are refused, wherever all else is right.
 func TestGetOfNotFormed(t *testing.T) {
-	for _, r := range wrongReqs() {
+	for _, r := range samples.WrongReqs() {
 		r.Sig = []byte{1, 2, 3}
 		refusedGet(t, "not formed", bytesOf(r), api.ErrArg)
 	}
