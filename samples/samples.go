@@ -165,6 +165,20 @@ func NearMsg(s Source) api.Msg {
 	return m
 }
 
+// Orders are all orders of what is in l.
+func Orders[V any](l []V) [][]V {
+	if len(l) == 0 {
+		return [][]V{nil}
+	}
+	var all [][]V
+	for i, first := range l {
+		for _, rest := range Orders(slices.Delete(slices.Clone(l), i, i+1)) {
+			all = append(all, append([]V{first}, rest...))
+		}
+	}
+	return all
+}
+
 // below is a number of the source's from 0 to n - 1.
 func below(s Source, n int) int {
 	return int(s.Uint64() % uint64(n))

@@ -3,6 +3,7 @@ package samples_test
 import (
 	"bytes"
 	"encoding/binary"
+	"fmt"
 	"math/rand/v2"
 	"slices"
 	"testing"
@@ -213,6 +214,30 @@ func TestAnyMsg(t *testing.T) {
 	}
 	if len(kinds) != 14 || len(senders) != 17 || len(slots) != 62 || len(parts) != 20 || below == 0 {
 		t.Errorf("%d kinds, %d senders, %d slots, %d numbers of parts, %d below 0", len(kinds), len(senders), len(slots), len(parts), below)
+	}
+}
+
+// Of so many there are as many orders as there may be, the first one as they stand; each has all of them, none is there twice, and none is another's memory.
+func TestOrders(t *testing.T) {
+	l := []int{4, 1, 3, 2, 5}
+	for n, count := range []int{1, 1, 2, 6, 24, 120} {
+		all := samples.Orders(l[:n])
+		seen := map[string]bool{}
+		for _, order := range all {
+			seen[fmt.Sprint(order)] = true
+			if !slices.Equal(slices.Sorted(slices.Values(order)), slices.Sorted(slices.Values(l[:n]))) {
+				t.Errorf("of %v: %v", l[:n], order)
+			}
+		}
+		if len(all) != count || len(seen) != count || !slices.Equal(all[0], l[:n]) {
+			t.Errorf("%d orders of %v, %d of them other ones", len(all), l[:n], len(seen))
+		}
+		for _, order := range all[1:] {
+			clear(order[:cap(order)])
+		}
+		if !slices.Equal(all[0], []int{4, 1, 3, 2, 5}[:n]) {
+			t.Errorf("%v change with others", all[0])
+		}
 	}
 }
 

@@ -10,20 +10,6 @@ import (
 	"consistory/votes"
 )
 
-// orders are all orders of those votes.
-func orders(l []api.Vote) [][]api.Vote {
-	if len(l) == 0 {
-		return [][]api.Vote{nil}
-	}
-	var all [][]api.Vote
-	for i, first := range l {
-		for _, rest := range orders(slices.Delete(slices.Clone(l), i, i+1)) {
-			all = append(all, append([]api.Vote{first}, rest...))
-		}
-	}
-	return all
-}
-
 // none checks that nothing was written in those regencies.
 func none(t *testing.T, what string, k *votes.Book, regencies ...[2]int) {
 	t.Helper()
@@ -77,7 +63,7 @@ func TestRegOfNought(t *testing.T) {
 // P13.2: entered regencies, and what was written and accepted, know nothing of each other.
 func TestRegApart(t *testing.T) {
 	l := []api.Vote{entered(2, 3), wrote(0, 1, 5, 1), accepted(0, 1, 5, 2)}
-	for _, order := range orders(l) {
+	for _, order := range samples.Orders(l) {
 		tells(t, "in any order", bookOf(t, order...), l)
 	}
 	k := bookOf(t, wrote(1, 2, 5, 1), accepted(1, 2, 5, 2))
@@ -115,7 +101,7 @@ func TestAccepted(t *testing.T) {
 		{accepted(3, 3, 0, 1), accepted(3, 3, 0, 2), accepted(3, 3, 0, 3), wrote(4, 4, 0, 4)},
 		{accepted(60, 40, 60, 1), accepted(60, 39, 60, 2), accepted(59, 40, 60, 3), accepted(60, 40, 60, 4)},
 	} {
-		for _, order := range orders(c) {
+		for _, order := range samples.Orders(c) {
 			k := bookOf(t, order...)
 			tells(t, "in any order", k, order)
 			if _, is := k.Accepted(); !is {
@@ -176,7 +162,7 @@ func TestTakeOfWrong(t *testing.T) {
 // P13.3: all are told by rising view, then regency, in whatever order they came; what was accepted behind them.
 func TestAll(t *testing.T) {
 	want := []api.Vote{entered(7, 7), wrote(0, 40, 5, 1), wrote(2, 9, 5, 2), wrote(2, 10, 5, 3), wrote(10, 1, 5, 4), accepted(2, 9, 5, 5)}
-	for _, order := range orders(want) {
+	for _, order := range samples.Orders(want) {
 		if got := bookOf(t, order...).All(); !slices.EqualFunc(got, want, same) {
 			t.Fatalf("%v; want %v", briefs(got), briefs(want))
 		}
