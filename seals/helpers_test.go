@@ -21,17 +21,9 @@ const (
 	bare    = 42    // bytes of a message without body and parts
 )
 
-// table has n seals, no two alike, of the lengths at which a key is taken otherwise.
+// table has n seals.
 func table(n int) api.Keys {
-	lengths := []int{32, 1, 31, 33, 63, 64, 65, 96, 128, 129, 300}
-	r := chance()
-	k := api.Keys{Roots: []api.Hash{samples.Hash(r), samples.Hash(r)}}
-	for i := range n {
-		seal := samples.Text(r, lengths[i%len(lengths)])
-		seal[0] = byte(i)
-		k.Seals = append(k.Seals, seal)
-	}
-	return k
+	return samples.Table(chance(), n)
 }
 
 // tagOf is the library's tag of b by the key.
