@@ -47,39 +47,12 @@ func forHash(m api.Msg, h api.Hash) api.Msg {
 
 // by is m as that one seals it.
 func by(from int, m api.Msg) []byte {
-	m.From = from
-	b, e := seals.Seal(table(), m)
-	if e != api.OK {
-		panic(e)
-	}
-	return b
+	return samples.By(seals.Seal, table(), from, m)
 }
 
 // byAll is m as each of them seals it.
 func byAll(m api.Msg, from ...int) [][]byte {
-	var l [][]byte
-	for _, i := range from {
-		l = append(l, by(i, m))
-	}
-	return l
-}
-
-// cut is b without its last byte.
-func cut(b []byte) []byte {
-	return b[:len(b)-1]
-}
-
-// spoilt is b with another last bit.
-func spoilt(b []byte) []byte {
-	b = slices.Clone(b)
-	b[len(b)-1] ^= 1
-	return b
-}
-
-// withBody is m with a body and parts, which nobody asks for, made by n.
-func withBody(m api.Msg, n byte) api.Msg {
-	m.Body, m.Parts = []byte{n, 1}, [][]byte{{n}, nil, {2, n}}
-	return m
+	return samples.ByAll(seals.Seal, table(), m, from...)
 }
 
 // near are ballots that differ from m by one of the five things that are asked alone; each can be sealed.
@@ -101,7 +74,7 @@ func near(m api.Msg) []api.Msg {
 // notCounting are parts that count for m, a ballot, in no view with its number: nobody's, or another ballot's. For none of these others more than two members vote, so that all together prove nothing.
 func notCounting(m api.Msg) [][]byte {
 	one := by(3, m)
-	l := [][]byte{nil, {}, {1, 2}, make([]byte, 32), make([]byte, 74), cut(one), spoilt(one), append(slices.Clone(one), 0), one[:42], one[42:], bytes.Repeat(one, 2), make([]byte, 1<<16+1)}
+	l := [][]byte{nil, {}, {1, 2}, make([]byte, 32), make([]byte, 74), samples.Cut(one), samples.Spoilt(one), append(slices.Clone(one), 0), one[:42], one[42:], bytes.Repeat(one, 2), make([]byte, 1<<16+1)}
 	for _, other := range near(m) {
 		l = append(l, byAll(other, 0, 1)...)
 	}
@@ -166,27 +139,6 @@ func undecided(t *testing.T, what string, v api.View, m api.Msg, parts [][]byte)
 	if r, e := certs.Decided(table(), v, m.Slot, m.Hash, parts); r != 0 || e != api.ErrProof {
 		t.Errorf("%s: by %d parts of %v %v is decided: %d, %v", what, len(parts), v, samples.BriefMsg(m), r, e)
 	}
-}
-
-// membersOf are the members of a mask, rising.
-func membersOf(mask uint16) []int {
-	var l []int
-	for i := range nodes {
-		if mask&(1<<i) != 0 {
-			l = append(l, i)
-		}
-	}
-	return l
-}
-
-// quorumOf is how many of so many members are a quorum; 0 of so many as no view has.
-func quorumOf(n int) int {
-	return map[int]int{4: 3, 5: 4, 6: 4, 7: 5}[n]
-}
-
-// faultsOf is how many bad ones so many members bear.
-func faultsOf(n int) int {
-	return map[int]int{4: 1, 5: 1, 6: 1, 7: 2}[n]
 }
 
 // far are numbers that nothing in a message can be, such of which the lowest bits are those of x among them.

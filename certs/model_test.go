@@ -34,7 +34,7 @@ func (l model) parts() [][]byte {
 // choices are the members of v that vote for m, rising, each with the place of the first part that counts.
 func (l model) choices(v api.View, m api.Msg) []choice {
 	var all []choice
-	for _, i := range membersOf(v.Mask) {
+	for _, i := range samples.Members(v.Mask) {
 		at := slices.IndexFunc(l, func(x told) bool {
 			right := x.by == i && !x.spoilt && x.m.View == v.Num
 			return right && x.m.Kind == m.Kind && x.m.View == m.View && x.m.Reg == m.Reg && x.m.Slot == m.Slot && x.m.Hash == m.Hash
@@ -48,7 +48,7 @@ func (l model) choices(v api.View, m api.Msg) []choice {
 
 // proves tells whether the parts prove m to the members of v.
 func (l model) proves(v api.View, m api.Msg) bool {
-	quorum := quorumOf(len(membersOf(v.Mask)))
+	quorum := samples.SharesOf(len(samples.Members(v.Mask))).Quorum
 	return quorum > 0 && v.Num >= 0 && v.Num <= 60 && len(l) <= room && len(l.choices(v, m)) >= quorum
 }
 
@@ -64,16 +64,9 @@ func (l model) decides(v api.View, m api.Msg) (int, api.Errno) {
 
 // anyBallot is a vote for one of few things, often for that of m.
 func anyBallot(r *rand.Rand, m api.Msg) api.Msg {
-	change := []func(){
-		func() { m.Kind = api.MPropose + r.IntN(api.MReq) },
-		func() { m.View += r.IntN(3) - 1 },
-		func() { m.Slot += r.IntN(3) - 1 },
-		func() { m.Hash[r.IntN(32)] ^= 1 << r.IntN(8) },
-		func() { m = withBody(m, byte(r.IntN(3))) },
-	}
 	m.Reg = []int{1, 2, 2, 2, 2, 2, 2, 3, 40}[r.IntN(9)]
 	if r.IntN(5) == 0 {
-		change[r.IntN(len(change))]()
+		m = samples.Changed(r, m)
 	}
 	return m
 }
@@ -124,7 +117,7 @@ func TestAnyParts(t *testing.T) {
 		kind := []int{api.MWrite, api.MAccept}[round%2]
 		m := ballot(kind)
 		mask := append(samples.RightMasks(), samples.WrongMasks()...)[r.IntN(20)]
-		from := append(membersOf(mask), r.IntN(nodes))
+		from := append(samples.Members(mask), r.IntN(nodes))
 		l := anyParts(r, m, r.IntN(20), from)
 		for _, asked := range []api.Msg{m, anyBallot(r, m), inReg(m, 3)} {
 			l.agrees(t, viewOf(mask), asked, proofs)
@@ -144,7 +137,7 @@ func TestAnyProofsShare(t *testing.T) {
 		one := ballot(kind)
 		other := forHash(one, api.Hash{5})
 		mask := samples.RightMasks()[r.IntN(14)]
-		v, members := viewOf(mask), membersOf(mask)
+		v, members := viewOf(mask), samples.Members(mask)
 		var parts [][]byte
 		for len(parts) < room {
 			m := []api.Msg{one, other}[r.IntN(2)]
@@ -160,7 +153,7 @@ func TestAnyProofsShare(t *testing.T) {
 				shared++
 			}
 		}
-		if shared <= faultsOf(len(members)) {
+		if shared <= samples.SharesOf(len(members)).Faults {
 			t.Errorf("of %v %d voted for both", v, shared)
 		}
 	}
@@ -186,7 +179,7 @@ func provesBoth(v api.View, one, other api.Msg, parts [][]byte) bool {
 // What the model picks is what was made, so that it can be held against certs.
 func TestModel(t *testing.T) {
 	m := ballot(api.MWrite)
-	l := model{{by(3, m), m, 3, false}, {by(1, m), m, 1, true}, {by(1, withBody(m, 1)), withBody(m, 1), 1, false}, {by(9, m), m, 9, false}, {by(0, inReg(m, 3)), inReg(m, 3), 0, false}}
+	l := model{{by(3, m), m, 3, false}, {by(1, m), m, 1, true}, {by(1, samples.WithBody(m, 1)), samples.WithBody(m, 1), 1, false}, {by(9, m), m, 9, false}, {by(0, inReg(m, 3)), inReg(m, 3), 0, false}}
 	if got := l.choices(viewOf(15), m); !slices.Equal(got, []choice{{1, 2}, {3, 0}}) || !bytes.Equal(l.parts()[3], by(9, m)) {
 		t.Error(got)
 	}

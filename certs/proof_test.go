@@ -25,7 +25,7 @@ func TestQuorums(t *testing.T) {
 	w, a := ballot(api.MWrite), ballot(api.MAccept)
 	for _, mask := range samples.RightMasks() {
 		v := viewOf(mask)
-		members := membersOf(mask)
+		members := samples.Members(mask)
 		wrote, accepted := byAll(w, members...), byAll(a, members...)
 		for set := range 1 << len(members) {
 			var l, m [][]byte
@@ -34,7 +34,7 @@ func TestQuorums(t *testing.T) {
 					l, m = append(l, wrote[i]), append(m, accepted[i])
 				}
 			}
-			if len(l) < quorumOf(len(members)) {
+			if len(l) < samples.SharesOf(len(members)).Quorum {
 				written(t, "few", v, w, l, api.ErrProof)
 				undecided(t, "few", v, a, m)
 			} else {
@@ -55,7 +55,7 @@ func TestNothingElseProves(t *testing.T) {
 	w, a := ballot(api.MWrite), ballot(api.MAccept)
 	v := viewOf(15)
 	for _, m := range []api.Msg{w, a} {
-		others := append(notCounting(m), by(0, m), by(3, m), by(3, withBody(m, 1)), by(4, m), by(15, m))
+		others := append(notCounting(m), by(0, m), by(3, m), by(3, samples.WithBody(m, 1)), by(4, m), by(15, m))
 		for _, part := range others {
 			parts := append(lacking(m), part)
 			if m.Kind == api.MWrite {
@@ -143,8 +143,8 @@ func TestWrongViews(t *testing.T) {
 	w, a := ballot(api.MWrite), ballot(api.MAccept)
 	for _, mask := range samples.WrongMasks() {
 		v := viewOf(mask)
-		written(t, "no such members", v, w, byAll(w, membersOf(mask)...), api.ErrProof)
-		undecided(t, "no such members", v, a, byAll(a, membersOf(mask)...))
+		written(t, "no such members", v, w, byAll(w, samples.Members(mask)...), api.ErrProof)
+		undecided(t, "no such members", v, a, byAll(a, samples.Members(mask)...))
 	}
 	for _, num := range append(samples.Numbers(), 59, 60, 61, 62) {
 		v := api.View{Num: num, Mask: 15}
@@ -207,15 +207,15 @@ func TestLeastRegency(t *testing.T) {
 func TestQuorumsShare(t *testing.T) {
 	for _, mask := range samples.RightMasks() {
 		v := viewOf(mask)
-		members := membersOf(mask)
+		members := samples.Members(mask)
 		w, a := ballot(api.MWrite), ballot(api.MAccept)
 		firsts := proved(v, w, members)
 		seconds := proved(v, forHash(w, api.Hash{8}), members)
-		share(t, "written", firsts, seconds, faultsOf(len(members)))
+		share(t, "written", firsts, seconds, samples.SharesOf(len(members)).Faults)
 		firsts = proved(v, inReg(a, 40), members)
 		for _, reg := range []int{40, 0} {
 			seconds = proved(v, forHash(inReg(a, reg), api.Hash{8}), members)
-			share(t, "decided", firsts, seconds, faultsOf(len(members)))
+			share(t, "decided", firsts, seconds, samples.SharesOf(len(members)).Faults)
 		}
 	}
 }

@@ -48,13 +48,13 @@ func TestNilIsNothing(t *testing.T) {
 func mixed(m api.Msg) [][]byte {
 	wrong := notCounting(m)
 	l := append(wrong[:8:8], wrong[14:16]...)
-	return append(l, by(3, withBody(m, 1)), by(3, m), by(1, m), by(9, m), by(0, m))
+	return append(l, by(3, samples.WithBody(m, 1)), by(3, m), by(1, m), by(9, m), by(0, m))
 }
 
 // R4: nothing that is handed in is changed, spare room included, and what is behind it tells nothing.
 func TestHandedInStays(t *testing.T) {
 	for _, kind := range []int{api.MWrite, api.MAccept} {
-		m, mStays := samples.RoomyMsg(withBody(ballot(kind), 7))
+		m, mStays := samples.RoomyMsg(samples.WithBody(ballot(kind), 7))
 		plain := mixed(ballot(kind))
 		parts, partsStay := samples.RoomyTexts(plain)
 		k := table()

@@ -116,7 +116,7 @@ func TestNothingElseIsAsked(t *testing.T) {
 		n.From = from
 		counts(t, "another sender", table(), viewOf(15), n, parts, choice{0, 1}, choice{3, 0})
 	}
-	for _, n := range []api.Msg{withBody(m, 5), {Body: make([]byte, 1<<17)}, {Parts: make([][]byte, 17)}} {
+	for _, n := range []api.Msg{samples.WithBody(m, 5), {Body: make([]byte, 1<<17)}, {Parts: make([][]byte, 17)}} {
 		n.Kind, n.View, n.Reg, n.Slot, n.Hash = m.Kind, m.View, m.Reg, m.Slot, m.Hash
 		counts(t, "more than is asked", table(), viewOf(15), n, parts, choice{0, 1}, choice{3, 0})
 	}
@@ -125,9 +125,9 @@ func TestNothingElseIsAsked(t *testing.T) {
 // P17.1: of a vote nothing else is asked either.
 func TestVotesWithMore(t *testing.T) {
 	m := ballot(api.MWrite)
-	parts := [][]byte{by(3, withBody(m, 4)), by(0, withBody(m, 5)), by(2, m)}
+	parts := [][]byte{by(3, samples.WithBody(m, 4)), by(0, samples.WithBody(m, 5)), by(2, m)}
 	counts(t, "with bodies", table(), viewOf(15), m, parts, choice{0, 1}, choice{2, 2}, choice{3, 0})
-	counts(t, "with bodies", table(), viewOf(15), withBody(m, 6), parts, choice{0, 1}, choice{2, 2}, choice{3, 0})
+	counts(t, "with bodies", table(), viewOf(15), samples.WithBody(m, 6), parts, choice{0, 1}, choice{2, 2}, choice{3, 0})
 }
 
 // P17.1: the vote's view must be the number of the view that is asked, not just the message's; its members tell nothing of that.
@@ -173,7 +173,7 @@ func TestMembersRise(t *testing.T) {
 // P17.1: who votes more than once is told once, by the first part that counts: not by one ahead of it that doesn't, nor by one behind it.
 func TestFirstPart(t *testing.T) {
 	m := ballot(api.MWrite)
-	one, other, third := by(3, withBody(m, 1)), by(3, withBody(m, 2)), by(3, m)
+	one, other, third := by(3, samples.WithBody(m, 1)), by(3, samples.WithBody(m, 2)), by(3, m)
 	v := viewOf(15)
 	for _, order := range samples.Orders([][]byte{one, other, third, by(1, m)}) {
 		at := slices.IndexFunc(order, func(b []byte) bool { return b[1] == 3 })

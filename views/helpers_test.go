@@ -3,8 +3,6 @@ package views_test
 import (
 	"math"
 	"math/rand/v2"
-	"slices"
-	"strconv"
 	"testing"
 
 	"consistory/api"
@@ -14,42 +12,9 @@ import (
 
 const masks = 1 << 16 // masks there are
 
-// shares are how many of a view's members are meant by each word.
-type shares struct {
-	faults, quorum, enough, some int
-}
-
-// sharesOf are those of n members, written out by hand; none of n that no view has.
-func sharesOf(n int) shares {
-	switch n {
-	case 4:
-		return shares{1, 3, 3, 2}
-	case 5:
-		return shares{1, 4, 4, 2}
-	case 6:
-		return shares{1, 4, 5, 2}
-	case 7:
-		return shares{2, 5, 5, 3}
-	}
-	return shares{}
-}
-
-// membersOf are the members of a mask, read from its binary digits.
-func membersOf(mask int) []int {
-	digits := []byte(strconv.FormatInt(int64(mask), 2))
-	slices.Reverse(digits)
-	var l []int
-	for i, d := range digits {
-		if d == '1' {
-			l = append(l, i)
-		}
-	}
-	return l
-}
-
 // fits tells whether so many members may make a view.
 func fits(mask int) bool {
-	return sharesOf(len(membersOf(mask))) != shares{}
+	return samples.SharesOf(len(samples.Members(uint16(mask)))) != samples.Shares{}
 }
 
 // numbers are numbers of views, those at the ends of what is right and beyond among them.
@@ -90,8 +55,8 @@ func rightViews() []api.View {
 }
 
 // told are all the shares that v's calls tell.
-func told(v api.View) shares {
-	return shares{views.Faults(v), views.Quorum(v), views.Enough(v), views.Some(v)}
+func told(v api.View) samples.Shares {
+	return samples.Shares{Faults: views.Faults(v), Quorum: views.Quorum(v), Enough: views.Enough(v), Some: views.Some(v)}
 }
 
 // refusedNext checks that there is no such next view, and beside the error nothing.

@@ -13,7 +13,7 @@ import (
 // P6.1: of each mask, whatever the number: whether it is right, its members, rising, and who is one.
 func TestMembers(t *testing.T) {
 	for mask := range masks {
-		want := membersOf(mask)
+		want := samples.Members(uint16(mask))
 		for _, num := range []int{0, 7, 60, 61, -1, math.MinInt} {
 			v := api.View{Num: num, Mask: uint16(mask)}
 			if views.Right(v) != (right(num) && fits(mask)) {
@@ -72,7 +72,7 @@ func TestRight(t *testing.T) {
 func TestHasFar(t *testing.T) {
 	for _, mask := range []uint16{0, 15, 0x8015, 0xffff} {
 		for _, i := range append(samples.Numbers(), -15, -16, 16, 17, 31, 32, 63, 64, 65, 1<<32+1, math.MinInt+1) {
-			want := i >= 0 && i <= 15 && slices.Contains(membersOf(int(mask)), i)
+			want := i >= 0 && i <= 15 && slices.Contains(samples.Members(mask), i)
 			if v := (api.View{Mask: mask}); views.Has(v, i) != want {
 				t.Errorf("%x has %d: %v", mask, i, !want)
 			}
@@ -84,7 +84,7 @@ func TestHasFar(t *testing.T) {
 func TestShares(t *testing.T) {
 	for mask := range masks {
 		v := api.View{Num: mask % 61, Mask: uint16(mask)}
-		if got, want := told(v), sharesOf(len(membersOf(mask))); got != want {
+		if got, want := told(v), samples.SharesOf(len(samples.Members(uint16(mask)))); got != want {
 			t.Fatalf("of %v: %v; want %v", v, got, want)
 		}
 	}
@@ -93,7 +93,7 @@ func TestShares(t *testing.T) {
 // P6.1: of a view that isn't right they are 0, also where just the number isn't.
 func TestSharesOfWrongViews(t *testing.T) {
 	for _, v := range wrongViews() {
-		if got := told(v); got != (shares{}) {
+		if got := told(v); got != (samples.Shares{}) {
 			t.Errorf("of %v: %v", v, got)
 		}
 	}
@@ -102,7 +102,7 @@ func TestSharesOfWrongViews(t *testing.T) {
 // P6.1: regency by regency each member leads in its turn, rising, and again.
 func TestLeader(t *testing.T) {
 	for _, v := range rightViews() {
-		members := membersOf(int(v.Mask))
+		members := samples.Members(v.Mask)
 		turn := 0
 		for r := range 50 {
 			if got := views.Leader(v, r); got != members[turn] {

@@ -54,7 +54,7 @@ func TestSharesFit(t *testing.T) {
 			continue
 		}
 		n, s := len(views.Members(v)), told(v)
-		if s.enough < s.quorum || s.enough > n || s.some != s.faults+1 || 2*s.quorum-n <= s.faults || s.quorum+s.enough-n <= s.faults {
+		if s.Enough < s.Quorum || s.Enough > n || s.Some != s.Faults+1 || 2*s.Quorum-n <= s.Faults || s.Quorum+s.Enough-n <= s.Faults {
 			t.Fatalf("of %v: %v", v, s)
 		}
 	}

@@ -89,7 +89,7 @@ func TestBytesAreNew(t *testing.T) {
 // R5: an answer hangs on the arguments alone, not on the calls ahead of it or beside it.
 func TestSameAgain(t *testing.T) {
 	all := append(rightViews(), wrongViews()...)
-	var want []shares
+	var want []samples.Shares
 	for _, v := range all {
 		want = append(want, told(v))
 	}
@@ -97,7 +97,7 @@ func TestSameAgain(t *testing.T) {
 	for range 4 {
 		w.Go(func() {
 			for i, v := range slices.Backward(all) {
-				if told(v) != want[i] || !slices.Equal(views.Members(v), membersOf(int(v.Mask))) {
+				if told(v) != want[i] || !slices.Equal(views.Members(v), samples.Members(v.Mask)) {
 					t.Errorf("of %v is told otherwise", v)
 				}
 				got, e := views.Get(views.Put(v))
