@@ -62,16 +62,6 @@ func byAll(m api.Msg, from ...int) [][]byte {
 	return samples.ByAll(seals.Seal, table(), m, from...)
 }
 
-// takes checks what is answered to each of the parts, in their order.
-func takes(t *testing.T, what string, x *inst.Inst, want api.Errno, parts ...[]byte) {
-	t.Helper()
-	for i, part := range parts {
-		if e := x.Take(part); e != want {
-			t.Errorf("%s: part %d, of %d bytes: %v; want %v", what, i, len(part), e, want)
-		}
-	}
-}
-
 // outcome is what a quorum voted for, if one did: in which regency, for which digest, and its votes.
 type outcome struct {
 	reg   int
@@ -172,17 +162,6 @@ func batches(n int) [][]byte {
 	var l [][]byte
 	for i := range n {
 		l = append(l, []byte{byte(i), byte(i >> 8), 5})
-	}
-	return l
-}
-
-// far are numbers of which none is x, such of which the lowest bits are those of x among them.
-func far(x int) []int {
-	l := []int{x - 1, x + 1, x + 1<<8, x + 1<<16, x + 1<<32, x - 1<<8, x - 1<<16, x - 1<<32}
-	for _, n := range samples.Numbers() {
-		if n != x {
-			l = append(l, n)
-		}
 	}
 	return l
 }

@@ -193,7 +193,7 @@ func TestStepByStep(t *testing.T) {
 		x, l := instOf(mask), &model{view: viewOf(mask), slot: slot}
 		for range 60 {
 			c := anyCast(r, samples.Members(mask))
-			takes(t, "step by step", x, l.take(c), c.part)
+			samples.Takes(t, "step by step", x, l.take(c), c.part)
 			l.agrees(t, x, found)
 		}
 	}

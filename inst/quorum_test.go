@@ -11,17 +11,6 @@ import (
 	"consistory/sha"
 )
 
-// chosen are those of l of which the set has the bit.
-func chosen[V any](l []V, set int) []V {
-	var some []V
-	for i, v := range l {
-		if set>>i&1 == 1 {
-			some = append(some, v)
-		}
-	}
-	return some
-}
-
 // P18.3, P18.4: a digest is told as soon as a quorum voted for it, whoever of the members they are, by all of their votes; and these prove it.
 func TestQuorums(t *testing.T) {
 	for _, mask := range samples.RightMasks() {
@@ -29,10 +18,10 @@ func TestQuorums(t *testing.T) {
 		quorum := samples.SharesOf(len(members)).Quorum
 		writes, accepts := byAll(wrote(2, 1), members...), byAll(accepted(3, 1), members...)
 		for set := range 1 << len(members) {
-			w, a := chosen(writes, set), chosen(accepts, set)
+			w, a := samples.Chosen(writes, set), samples.Chosen(accepts, set)
 			x, y := instOf(mask), instOf(mask)
-			takes(t, "votes", x, api.OK, w...)
-			takes(t, "votes", y, api.OK, a...)
+			samples.Takes(t, "votes", x, api.OK, w...)
+			samples.Takes(t, "votes", y, api.OK, a...)
 			unwritten(t, "of the other kind", y, 2, 3)
 			acceptedBy(x).is(t, "of the other kind", outcome{})
 			if len(w) < quorum {
@@ -56,9 +45,9 @@ func TestQuorums(t *testing.T) {
 func TestThreeOfFour(t *testing.T) {
 	x := instOf(15)
 	parts := byAll(wrote(0, 1), 2, 0, 3)
-	takes(t, "two", x, api.OK, parts[:2]...)
+	samples.Takes(t, "two", x, api.OK, parts[:2]...)
 	unvoted(t, "two", x)
-	takes(t, "three", x, api.OK, parts[2])
+	samples.Takes(t, "three", x, api.OK, parts[2])
 	writtenIn(x, 0).is(t, "three", won(0, 1, parts[1], parts[0], parts[2]))
 	unwritten(t, "in other regencies", x, -1, 1, 2, 40)
 	acceptedBy(x).is(t, "just written", outcome{})
@@ -70,7 +59,7 @@ func TestOrders(t *testing.T) {
 	for _, order := range samples.Orders(members) {
 		x := instOf(0x8095)
 		for i, from := range order {
-			takes(t, "in any order", x, api.OK, by(from, wrote(2, 1)), by(from, accepted(2, 1)))
+			samples.Takes(t, "in any order", x, api.OK, by(from, wrote(2, 1)), by(from, accepted(2, 1)))
 			if i < 3 {
 				unvoted(t, "few", x)
 				continue
@@ -86,10 +75,10 @@ func TestOrders(t *testing.T) {
 func TestDigestsApart(t *testing.T) {
 	x := instOf(127)
 	for from := range 4 {
-		takes(t, "four and three", x, api.OK, by(from, wrote(2, 1)), by(from, accepted(2, 1)))
+		samples.Takes(t, "four and three", x, api.OK, by(from, wrote(2, 1)), by(from, accepted(2, 1)))
 	}
 	for from := 4; from < 7; from++ {
-		takes(t, "four and three", x, api.OK, by(from, wrote(2, 2)), by(from, accepted(2, 2)))
+		samples.Takes(t, "four and three", x, api.OK, by(from, wrote(2, 2)), by(from, accepted(2, 2)))
 	}
 	unvoted(t, "four and three", x)
 	y := instOf(127)
@@ -98,7 +87,7 @@ func TestDigestsApart(t *testing.T) {
 		if from == 1 || from == 5 {
 			mark = 2
 		}
-		takes(t, "five and two", y, api.OK, by(from, wrote(2, mark)), by(from, accepted(2, mark)))
+		samples.Takes(t, "five and two", y, api.OK, by(from, wrote(2, mark)), by(from, accepted(2, mark)))
 	}
 	writtenIn(y, 2).is(t, "five and two", won(2, 1, byAll(wrote(2, 1), 0, 2, 3, 4, 6)...))
 	acceptedBy(y).is(t, "five and two", won(2, 1, byAll(accepted(2, 1), 0, 2, 3, 4, 6)...))
@@ -111,7 +100,7 @@ func TestNearDigests(t *testing.T) {
 		n := m
 		n.Hash[i/8] ^= 1 << (i % 8)
 		x := instOf(15)
-		takes(t, "two and two", x, api.OK, by(0, m), by(1, n), by(2, n), by(3, m))
+		samples.Takes(t, "two and two", x, api.OK, by(0, m), by(1, n), by(2, n), by(3, m))
 		unvoted(t, "two and two", x)
 	}
 }
@@ -125,7 +114,7 @@ func TestDigestOfNoughts(t *testing.T) {
 		a.Kind = api.MAccept
 		x := instOf(15)
 		writes, accepts := byAll(w, 0, 1, 2), byAll(a, 1, 2, 3)
-		takes(t, "noughts", x, api.OK, append(writes, accepts...)...)
+		samples.Takes(t, "noughts", x, api.OK, append(writes, accepts...)...)
 		writtenIn(x, reg).is(t, "noughts", outcome{reg, api.Hash{}, writes, true})
 		acceptedBy(x).is(t, "noughts", outcome{reg, api.Hash{}, accepts, true})
 	}
@@ -136,25 +125,25 @@ func TestFirstVotes(t *testing.T) {
 	x := instOf(15)
 	first := samples.WithBody(wrote(2, 1), 3)
 	parts := append(byAll(first, 0, 1), by(2, wrote(2, 2)))
-	takes(t, "the first ones", x, api.OK, parts...)
-	takes(t, "others", x, api.ErrOld, append(byAll(wrote(2, 2), 0, 1), by(2, wrote(2, 1)), by(0, first), by(0, wrote(2, 1)))...)
+	samples.Takes(t, "the first ones", x, api.OK, parts...)
+	samples.Takes(t, "others", x, api.ErrOld, append(byAll(wrote(2, 2), 0, 1), by(2, wrote(2, 1)), by(0, first), by(0, wrote(2, 1)))...)
 	unvoted(t, "two and one", x)
 	last := by(3, wrote(2, 1))
-	takes(t, "the last one", x, api.OK, last)
+	samples.Takes(t, "the last one", x, api.OK, last)
 	writtenIn(x, 2).is(t, "the first ones", won(2, 1, parts[0], parts[1], last))
 }
 
 // P18.3: votes of unlike kinds aren't put together, nor are those of unlike regencies.
 func TestKindsAndRegenciesApart(t *testing.T) {
 	x := instOf(15)
-	takes(t, "two and two", x, api.OK, append(byAll(wrote(2, 1), 0, 1), byAll(accepted(2, 1), 2, 3)...)...)
-	takes(t, "two and two", x, api.OK, append(byAll(wrote(3, 1), 2, 3), byAll(accepted(3, 1), 0, 1)...)...)
+	samples.Takes(t, "two and two", x, api.OK, append(byAll(wrote(2, 1), 0, 1), byAll(accepted(2, 1), 2, 3)...)...)
+	samples.Takes(t, "two and two", x, api.OK, append(byAll(wrote(3, 1), 2, 3), byAll(accepted(3, 1), 0, 1)...)...)
 	unvoted(t, "two of each", x)
-	takes(t, "three of one", x, api.OK, by(3, wrote(2, 1)))
+	samples.Takes(t, "three of one", x, api.OK, by(3, wrote(2, 1)))
 	writtenIn(x, 2).is(t, "three of one", won(2, 1, byAll(wrote(2, 1), 0, 1, 3)...))
 	unwritten(t, "two", x, 3)
 	acceptedBy(x).is(t, "two of each", outcome{})
-	takes(t, "three of the other", x, api.OK, by(2, accepted(3, 1)))
+	samples.Takes(t, "three of the other", x, api.OK, by(2, accepted(3, 1)))
 	acceptedBy(x).is(t, "three of the other", won(3, 1, byAll(accepted(3, 1), 0, 1, 2)...))
 }
 
@@ -163,10 +152,10 @@ func TestEachRegency(t *testing.T) {
 	for reg := range regs {
 		x := instOf(15)
 		writes, accepts := byAll(wrote(reg, 1), 0, 1, 2), byAll(accepted(reg, 2), 1, 2, 3)
-		takes(t, "in a regency", x, api.OK, append(writes, accepts...)...)
+		samples.Takes(t, "in a regency", x, api.OK, append(writes, accepts...)...)
 		writtenIn(x, reg).is(t, "in its regency", won(reg, 1, writes...))
 		acceptedBy(x).is(t, "in its regency", won(reg, 2, accepts...))
-		unwritten(t, "in another regency", x, far(reg)...)
+		unwritten(t, "in another regency", x, samples.Far(reg)...)
 		for _, other := range allRegs() {
 			if other != reg {
 				unwritten(t, "in another regency", x, other)
@@ -180,7 +169,7 @@ func TestAllRegencies(t *testing.T) {
 	x := instOf(0x5454)
 	members := samples.Members(0x5454)
 	for _, reg := range chance().Perm(regs) {
-		takes(t, "in all regencies", x, api.OK, byAll(wrote(reg, byte(reg%7)), members...)...)
+		samples.Takes(t, "in all regencies", x, api.OK, byAll(wrote(reg, byte(reg%7)), members...)...)
 	}
 	for range 20 {
 		for reg := range regs {
@@ -195,17 +184,17 @@ func TestAllRegencies(t *testing.T) {
 func TestLeastRegency(t *testing.T) {
 	for _, order := range samples.Orders([]int{1, 5, 40, 17}) {
 		x := instOf(15)
-		takes(t, "few in a lesser one", x, api.OK, by(0, accepted(0, 9)), by(1, accepted(0, 9)), by(2, accepted(0, 8)))
+		samples.Takes(t, "few in a lesser one", x, api.OK, by(0, accepted(0, 9)), by(1, accepted(0, 9)), by(2, accepted(0, 8)))
 		least := regs
 		for _, reg := range order {
 			parts := byAll(accepted(reg, byte(reg)), 0, 1, 3)
-			takes(t, "in turn", x, api.OK, parts...)
+			samples.Takes(t, "in turn", x, api.OK, parts...)
 			least = min(least, reg)
 			acceptedBy(x).is(t, "in turn", won(least, byte(least), byAll(accepted(least, byte(least)), 0, 1, 3)...))
 		}
-		takes(t, "the fourth one", x, api.OK, by(2, accepted(40, 40)))
+		samples.Takes(t, "the fourth one", x, api.OK, by(2, accepted(40, 40)))
 		acceptedBy(x).is(t, "in a greater one", won(1, 1, byAll(accepted(1, 1), 0, 1, 3)...))
-		takes(t, "the third one", x, api.OK, by(3, accepted(0, 9)))
+		samples.Takes(t, "the third one", x, api.OK, by(3, accepted(0, 9)))
 		acceptedBy(x).is(t, "in the least", won(0, 9, byAll(accepted(0, 9), 0, 1, 3)...))
 	}
 }
@@ -216,14 +205,14 @@ func TestWrongViews(t *testing.T) {
 		x := instOf(mask)
 		members := samples.Members(mask)
 		for reg := range 3 {
-			takes(t, "all vote", x, api.OK, append(byAll(wrote(reg, 1), members...), byAll(accepted(reg, 1), members...)...)...)
+			samples.Takes(t, "all vote", x, api.OK, append(byAll(wrote(reg, 1), members...), byAll(accepted(reg, 1), members...)...)...)
 		}
 		unvoted(t, "no such members", x)
 	}
 	for _, num := range append(samples.Numbers(), 61, 62, 256+7, 1<<32+7) {
 		x := inst.New(table(), api.View{Num: num, Mask: 15}, slot)
 		if num < 0 || num > 60 {
-			takes(t, "no such number", x, api.ErrView, append(byAll(wrote(2, 1), 0, 1, 2), byAll(accepted(2, 1), 0, 1, 2)...)...)
+			samples.Takes(t, "no such number", x, api.ErrView, append(byAll(wrote(2, 1), 0, 1, 2), byAll(accepted(2, 1), 0, 1, 2)...)...)
 			unvoted(t, "no such number", x)
 		}
 	}
@@ -248,7 +237,7 @@ func TestOneDigest(t *testing.T) {
 			for i := range members {
 				mark := deal % 3
 				deal /= 3
-				takes(t, "dealt out", x, api.OK, writes[mark][i], accepts[mark][i])
+				samples.Takes(t, "dealt out", x, api.OK, writes[mark][i], accepts[mark][i])
 				w[mark], a[mark] = append(w[mark], writes[mark][i]), append(a[mark], accepts[mark][i])
 			}
 			var wantWritten, wantAccepted outcome
@@ -270,7 +259,7 @@ func TestProofs(t *testing.T) {
 	for reg := range regs {
 		w, a := samples.WithBody(wrote(reg, 1), byte(reg)), samples.WithBody(accepted(reg, 1), byte(reg))
 		w.Hash, a.Hash = sha.Sum(batch), sha.Sum(batch)
-		takes(t, "all vote", x, api.OK, append(byAll(w, 6, 5, 4, 3, 2, 1, 0), byAll(a, 0, 6, 1, 5, 2, 4, 3)...)...)
+		samples.Takes(t, "all vote", x, api.OK, append(byAll(w, 6, 5, 4, 3, 2, 1, 0), byAll(a, 0, 6, 1, 5, 2, 4, 3)...)...)
 	}
 	for reg := range regs {
 		h, l, found := x.Written(reg)

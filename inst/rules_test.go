@@ -15,9 +15,9 @@ import (
 // P18.4: of a nil instance that it is nil is told of any part, ahead of all else, and otherwise nothing.
 func TestNilInst(t *testing.T) {
 	var x *inst.Inst
-	takes(t, "a nil instance", x, api.ErrNil, by(3, wrote(2, 1)), by(9, accepted(2, 1)), nil, []byte{1})
+	samples.Takes(t, "a nil instance", x, api.ErrNil, by(3, wrote(2, 1)), by(9, accepted(2, 1)), nil, []byte{1})
 	for _, r := range append(unopened(), untaken()...) {
-		takes(t, "a nil instance", x, api.ErrNil, r.part)
+		samples.Takes(t, "a nil instance", x, api.ErrNil, r.Part)
 	}
 	for _, batch := range [][]byte{nil, {}, []byte("abc")} {
 		if h := x.Learn(batch); h != (api.Hash{}) {
@@ -36,7 +36,7 @@ func TestAllBits(t *testing.T) {
 		members := samples.Members(mask)
 		x := instOf(mask)
 		writes, accepts := byAll(wrote(40, 1), members...), byAll(accepted(40, 1), members...)
-		takes(t, "all", x, api.OK, append(writes, accepts...)...)
+		samples.Takes(t, "all", x, api.OK, append(writes, accepts...)...)
 		writtenIn(x, 40).is(t, "all", won(40, 1, writes...))
 		acceptedBy(x).is(t, "all", won(40, 1, accepts...))
 	}
@@ -46,15 +46,15 @@ func TestAllBits(t *testing.T) {
 func TestNilIsNothing(t *testing.T) {
 	for _, k := range []api.Keys{{}, {Seals: [][]byte{}, Roots: []api.Hash{}}} {
 		x := inst.New(k, viewOf(15), slot)
-		takes(t, "no seals", x, api.ErrWho, byAll(wrote(2, 1), 0, 1, 2, 3)...)
-		takes(t, "nothing", x, api.ErrShort, nil, []byte{})
+		samples.Takes(t, "no seals", x, api.ErrWho, byAll(wrote(2, 1), 0, 1, 2, 3)...)
+		samples.Takes(t, "nothing", x, api.ErrShort, nil, []byte{})
 		unvoted(t, "no seals", x)
 	}
 	for _, seal := range [][]byte{nil, {}} {
 		k := api.Keys{Seals: [][]byte{seal, seal, seal}}
 		x := inst.New(k, viewOf(15), slot)
 		parts := samples.ByAll(seals.Seal, api.Keys{Seals: make([][]byte, 3)}, wrote(2, 1), 0, 1, 2)
-		takes(t, "empty seals", x, api.OK, parts...)
+		samples.Takes(t, "empty seals", x, api.OK, parts...)
 		writtenIn(x, 2).is(t, "empty seals", won(2, 1, parts...))
 	}
 }
@@ -64,8 +64,8 @@ func full(t *testing.T) (x *inst.Inst, writes, accepts [][]byte) {
 	t.Helper()
 	x = instOf(15)
 	writes, accepts = byAll(samples.WithBody(wrote(2, 1), 5), 0, 1, 3), byAll(accepted(3, 1), 0, 1, 2, 3)
-	takes(t, "writes", x, api.OK, writes...)
-	takes(t, "accepts", x, api.OK, accepts...)
+	samples.Takes(t, "writes", x, api.OK, writes...)
+	samples.Takes(t, "accepts", x, api.OK, accepts...)
 	learns(t, "a batch", x, []byte("abc"))
 	return x, writes, accepts
 }
@@ -87,7 +87,7 @@ func TestHandedInStays(t *testing.T) {
 	x := inst.New(k, viewOf(15), slot)
 	var plain [][]byte
 	for _, r := range append(unopened(), untaken()...) {
-		plain = append(plain, r.part)
+		plain = append(plain, r.Part)
 	}
 	plain = append(plain, byAll(wrote(2, 1), 0, 1, 1, 3)...)
 	parts, partsStay := samples.RoomyTexts(plain)
@@ -118,10 +118,10 @@ func TestNothingIsKept(t *testing.T) {
 		samples.Spoil(seal)
 	}
 	writes := byAll(wrote(2, 1), 0, 1, 3)
-	takes(t, "its seals are spoilt", x, api.OK, writes...)
+	samples.Takes(t, "its seals are spoilt", x, api.OK, writes...)
 	clear(k.Seals)
 	clear(k.Roots)
-	takes(t, "its list is cleared", y, api.OK, writes...)
+	samples.Takes(t, "its list is cleared", y, api.OK, writes...)
 
 	x, writes, accepts := full(t)
 	var want [2][][]byte
@@ -172,7 +172,7 @@ func TestVotesOfOneMemory(t *testing.T) {
 	whole := bytes.Join(samples.ByAll(seals.Seal, k, wrote(2, 1), 0, 1, 2), nil)
 	x := inst.New(k, viewOf(15), slot)
 	n := len(whole) / 3
-	takes(t, "one memory", x, api.OK, whole[:n], whole[n:2*n], whole[2*n:])
+	samples.Takes(t, "one memory", x, api.OK, whole[:n], whole[n:2*n], whole[2*n:])
 	want := bytes.Clone(whole)
 	l := writtenIn(x, 2).votes
 	if len(l) != 3 || !samples.Apart(append(l, whole)) {
@@ -185,8 +185,8 @@ func TestVotesOfOneMemory(t *testing.T) {
 func TestAnswersStay(t *testing.T) {
 	x, writes, accepts := full(t)
 	w, a := writtenIn(x, 2), acceptedBy(x)
-	takes(t, "more", x, api.OK, by(2, wrote(2, 1)))
-	takes(t, "more", x, api.OK, byAll(accepted(1, 9), 3, 2, 1, 0)...)
+	samples.Takes(t, "more", x, api.OK, by(2, wrote(2, 1)))
+	samples.Takes(t, "more", x, api.OK, byAll(accepted(1, 9), 3, 2, 1, 0)...)
 	learns(t, "more", x, batches(room)...)
 	w.is(t, "as it was", won(2, 1, writes...))
 	a.is(t, "as it was", won(3, 1, accepts...))
@@ -199,12 +199,12 @@ func TestInstancesApart(t *testing.T) {
 	x, other := instOf(127), instOf(127)
 	members := samples.Members(127)
 	for reg := regs - 1; reg > 0; reg-- {
-		takes(t, "the first one", x, api.OK, append(byAll(accepted(reg, byte(reg)), members...), byAll(wrote(reg, byte(reg)), members...)...)...)
+		samples.Takes(t, "the first one", x, api.OK, append(byAll(accepted(reg, byte(reg)), members...), byAll(wrote(reg, byte(reg)), members...)...)...)
 	}
 	learns(t, "the first one", x, batches(room)...)
 	unvoted(t, "the other one", other)
 	lacks(t, "the other one", other, x.Learn(batches(1)[0]))
-	takes(t, "the other one", other, api.OK, by(0, accepted(1, 2)), by(1, accepted(1, 2)))
+	samples.Takes(t, "the other one", other, api.OK, by(0, accepted(1, 2)), by(1, accepted(1, 2)))
 	for range 200 {
 		acceptedBy(x).is(t, "the first one", won(1, 1, byAll(accepted(1, 1), members...)...))
 		writtenIn(x, 7).is(t, "the first one", won(7, 7, byAll(wrote(7, 7), members...)...))

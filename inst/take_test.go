@@ -1,7 +1,6 @@
 package inst_test
 
 import (
-	"bytes"
 	"slices"
 	"testing"
 
@@ -11,57 +10,31 @@ import (
 	"consistory/seals"
 )
 
-// refusal is a part that isn't taken, and why.
-type refusal struct {
-	part []byte
-	want api.Errno
-}
-
 // unopened are parts that members 0 to 3 can't have told, whatever the instance's view and slot.
-func unopened() []refusal {
-	one := by(3, wrote(2, 1))
-	bare := one[:len(one)-32]
-	l := []refusal{
-		{nil, api.ErrShort}, {[]byte{}, api.ErrShort}, {[]byte{1}, api.ErrShort}, {make([]byte, 31), api.ErrShort}, {make([]byte, 32), api.ErrShort},
-		{samples.Cut(one), api.ErrShort}, {one[:50], api.ErrShort}, {bare, api.ErrShort},
-		{append(slices.Clone(one), 0), api.ErrForm}, {bytes.Repeat(one, 2), api.ErrForm},
-		{append(slices.Clone(bare[:len(bare)-1]), append([]byte{17}, make([]byte, 60)...)...), api.ErrRange},
-		{make([]byte, 1<<16+1), api.ErrFull},
-		{make([]byte, 74), api.ErrArg},
-		{samples.Spoilt(one), api.ErrTag}, {append(slices.Clone(bare), make([]byte, 32)...), api.ErrTag},
-	}
-	for from := range nodes {
-		b := by(from, wrote(2, 1))
-		if from > 3 {
-			l = append(l, refusal{b, api.ErrWho})
-		}
-		b = slices.Clone(b)
-		b[1] = byte((from + 1) % nodes)
-		l = append(l, refusal{b, api.ErrTag})
-	}
-	return l
+func unopened() []samples.Refusal {
+	return samples.Unopened(seals.Seal, table(), wrote(2, 1))
 }
 
 // untaken are votes of members 0 to 3 for something else than the slot and the view of the ballots, or for nothing.
-func untaken() []refusal {
-	var l []refusal
+func untaken() []samples.Refusal {
+	var l []samples.Refusal
 	for kind := api.MPropose; kind <= api.MReq; kind++ {
 		m := wrote(2, 1)
 		m.Kind = kind
 		if kind != api.MWrite && kind != api.MAccept {
-			l = append(l, refusal{by(3, m), api.ErrArg})
+			l = append(l, samples.Refusal{Part: by(3, m), Want: api.ErrArg})
 		}
 	}
 	for _, m := range []api.Msg{wrote(2, 1), accepted(2, 1)} {
 		for _, x := range []int{0, 1, 6, 8, 59, 60} {
 			n := m
 			n.View = x
-			l = append(l, refusal{by(3, n), api.ErrView})
+			l = append(l, samples.Refusal{Part: by(3, n), Want: api.ErrView})
 		}
 		for _, x := range []int{0, 1, slot - 1, slot + 1, 60} {
 			n := m
 			n.Slot = x
-			l = append(l, refusal{by(3, n), api.ErrSlot})
+			l = append(l, samples.Refusal{Part: by(3, n), Want: api.ErrSlot})
 		}
 	}
 	return l
@@ -72,19 +45,19 @@ func TestRefusals(t *testing.T) {
 	seen := map[api.Errno]int{}
 	x := instOf(15)
 	for _, r := range append(unopened(), untaken()...) {
-		seen[r.want]++
-		takes(t, "refused", x, r.want, r.part, r.part)
+		seen[r.Want]++
+		samples.Takes(t, "refused", x, r.Want, r.Part, r.Part)
 		y := instOf(15)
-		takes(t, "the first one", y, r.want, r.part)
+		samples.Takes(t, "the first one", y, r.Want, r.Part)
 		unvoted(t, "the first one", y)
 		parts := byAll(wrote(2, 1), 0, 1, 3)
-		takes(t, "behind it", y, api.OK, parts...)
-		takes(t, "behind others", y, r.want, r.part)
+		samples.Takes(t, "behind it", y, api.OK, parts...)
+		samples.Takes(t, "behind others", y, r.Want, r.Part)
 		writtenIn(y, 2).is(t, "ahead of it, and behind it", won(2, 1, parts...))
 	}
 	unvoted(t, "all refused", x)
 	parts := byAll(wrote(2, 1), 0, 1, 3)
-	takes(t, "behind all refused", x, api.OK, parts...)
+	samples.Takes(t, "behind all refused", x, api.OK, parts...)
 	writtenIn(x, 2).is(t, "behind all refused", won(2, 1, parts...))
 	for _, e := range []api.Errno{api.ErrShort, api.ErrForm, api.ErrRange, api.ErrFull, api.ErrArg, api.ErrTag, api.ErrWho, api.ErrView, api.ErrSlot} {
 		if seen[e] == 0 {
@@ -96,13 +69,13 @@ func TestRefusals(t *testing.T) {
 // P18.2: what layer 9 doesn't open is refused by its very error.
 func TestLayerNinesErrors(t *testing.T) {
 	for _, r := range unopened() {
-		if _, e := seals.OpenOf(table(), viewOf(15), r.part); e != r.want {
-			t.Errorf("%d bytes open with %v; want %v", len(r.part), e, r.want)
+		if _, e := seals.OpenOf(table(), viewOf(15), r.Part); e != r.Want {
+			t.Errorf("%d bytes open with %v; want %v", len(r.Part), e, r.Want)
 		}
 	}
 	for _, r := range untaken() {
-		if _, e := seals.OpenOf(table(), viewOf(15), r.part); e != api.OK {
-			t.Errorf("%d bytes open with %v", len(r.part), e)
+		if _, e := seals.OpenOf(table(), viewOf(15), r.Part); e != api.OK {
+			t.Errorf("%d bytes open with %v", len(r.Part), e)
 		}
 	}
 }
@@ -116,7 +89,7 @@ func TestEachMember(t *testing.T) {
 			if mask>>from&1 == 1 {
 				want = api.OK
 			}
-			takes(t, "its first votes", x, want, by(from, wrote(2, 1)), by(from, accepted(2, 1)))
+			samples.Takes(t, "its first votes", x, want, by(from, wrote(2, 1)), by(from, accepted(2, 1)))
 		}
 	}
 }
@@ -130,7 +103,7 @@ func TestEachKind(t *testing.T) {
 		if kind == 2 || kind == 3 {
 			want = api.OK
 		}
-		takes(t, "a kind", instOf(15), want, by(3, m))
+		samples.Takes(t, "a kind", instOf(15), want, by(3, m))
 	}
 }
 
@@ -140,12 +113,12 @@ func TestViewsAndSlots(t *testing.T) {
 		for _, x := range []int{0, 1, 7, 59, 60} {
 			m.View, m.Slot = x, 60-x
 			part := by(3, m)
-			takes(t, "its own", inst.New(table(), api.View{Num: x, Mask: 15}, 60-x), api.OK, part)
-			for _, other := range far(x) {
-				takes(t, "another view's", inst.New(table(), api.View{Num: other, Mask: 15}, 60-x), api.ErrView, part)
+			samples.Takes(t, "its own", inst.New(table(), api.View{Num: x, Mask: 15}, 60-x), api.OK, part)
+			for _, other := range samples.Far(x) {
+				samples.Takes(t, "another view's", inst.New(table(), api.View{Num: other, Mask: 15}, 60-x), api.ErrView, part)
 			}
-			for _, other := range far(60 - x) {
-				takes(t, "another slot's", inst.New(table(), api.View{Num: x, Mask: 15}, other), api.ErrSlot, part)
+			for _, other := range samples.Far(60 - x) {
+				samples.Takes(t, "another slot's", inst.New(table(), api.View{Num: x, Mask: 15}, other), api.ErrSlot, part)
 			}
 		}
 	}
@@ -156,19 +129,19 @@ func TestOneVoteEach(t *testing.T) {
 	x := instOf(0xffff)
 	for _, reg := range []int{0, 1, 2, 39, 40} {
 		for from := range nodes {
-			takes(t, "the first ones", x, api.OK, by(from, wrote(reg, byte(from%3))), by(from, accepted(reg, byte(from%5))))
+			samples.Takes(t, "the first ones", x, api.OK, by(from, wrote(reg, byte(from%3))), by(from, accepted(reg, byte(from%5))))
 		}
 	}
 	for _, reg := range []int{0, 1, 2, 39, 40} {
 		for from := range nodes {
 			for _, mark := range []byte{0, 1, 7} {
-				takes(t, "once more", x, api.ErrOld, by(from, wrote(reg, mark)), by(from, accepted(reg, mark)))
+				samples.Takes(t, "once more", x, api.ErrOld, by(from, wrote(reg, mark)), by(from, accepted(reg, mark)))
 			}
-			takes(t, "with a body", x, api.ErrOld, by(from, samples.WithBody(wrote(reg, 1), 1)), by(from, samples.WithBody(accepted(reg, 1), 1)))
+			samples.Takes(t, "with a body", x, api.ErrOld, by(from, samples.WithBody(wrote(reg, 1), 1)), by(from, samples.WithBody(accepted(reg, 1), 1)))
 		}
 	}
 	for reg := 3; reg < 39; reg++ {
-		takes(t, "in other regencies", x, api.OK, by(15, wrote(reg, 1)), by(15, accepted(reg, 1)), by(0, accepted(reg, 1)), by(0, wrote(reg, 1)))
+		samples.Takes(t, "in other regencies", x, api.OK, by(15, wrote(reg, 1)), by(15, accepted(reg, 1)), by(0, accepted(reg, 1)), by(0, wrote(reg, 1)))
 	}
 }
 
@@ -176,10 +149,10 @@ func TestOneVoteEach(t *testing.T) {
 func TestPlaces(t *testing.T) {
 	for _, first := range [][]byte{by(1, wrote(2, 1)), by(2, wrote(1, 1)), by(2, accepted(1, 1)), by(3, wrote(2, 1)), by(3, accepted(2, 1))} {
 		x := instOf(15)
-		takes(t, "the first one", x, api.OK, first)
+		samples.Takes(t, "the first one", x, api.OK, first)
 		for _, next := range [][]byte{by(1, accepted(2, 1)), by(1, wrote(1, 1)), by(2, wrote(2, 1)), by(0, wrote(2, 1)), by(2, accepted(2, 1)), by(3, accepted(1, 1)), by(1, wrote(3, 1))} {
-			takes(t, "elsewhere", x, api.OK, next)
-			takes(t, "there again", x, api.ErrOld, next, first)
+			samples.Takes(t, "elsewhere", x, api.OK, next)
+			samples.Takes(t, "there again", x, api.ErrOld, next, first)
 		}
 	}
 }
@@ -187,23 +160,23 @@ func TestPlaces(t *testing.T) {
 // R2: of several errors the one that is named first is told: layer 9's, that it is no vote, another view's, another slot's, that it came.
 func TestOrderOfErrors(t *testing.T) {
 	x := instOf(15)
-	takes(t, "the first one", x, api.OK, by(3, wrote(2, 1)))
+	samples.Takes(t, "the first one", x, api.OK, by(3, wrote(2, 1)))
 	m := wrote(2, 1)
-	takes(t, "that came", x, api.ErrOld, by(3, m))
+	samples.Takes(t, "that came", x, api.ErrOld, by(3, m))
 	m.Slot++
-	takes(t, "and of another slot", x, api.ErrSlot, by(3, m))
+	samples.Takes(t, "and of another slot", x, api.ErrSlot, by(3, m))
 	m.View++
-	takes(t, "and of another view", x, api.ErrView, by(3, m))
+	samples.Takes(t, "and of another view", x, api.ErrView, by(3, m))
 	m.Slot--
-	takes(t, "of another view alone", x, api.ErrView, by(3, m))
+	samples.Takes(t, "of another view alone", x, api.ErrView, by(3, m))
 	m.Kind, m.Slot = api.MStop, slot+1
-	takes(t, "and no vote", x, api.ErrArg, by(3, m))
+	samples.Takes(t, "and no vote", x, api.ErrArg, by(3, m))
 	m.View = 7
-	takes(t, "no vote of another slot", x, api.ErrArg, by(3, m))
+	samples.Takes(t, "no vote of another slot", x, api.ErrArg, by(3, m))
 	for _, m := range []api.Msg{m, wrote(2, 1), {Kind: api.MReply, View: 60}, {Kind: api.MWrite, Slot: 3}} {
-		takes(t, "no member's", x, api.ErrWho, by(4, m))
-		takes(t, "spoilt", x, api.ErrTag, samples.Spoilt(by(4, m)), samples.Spoilt(by(3, m)))
-		takes(t, "cut", x, api.ErrShort, samples.Cut(by(4, m)), samples.Cut(by(3, m)))
+		samples.Takes(t, "no member's", x, api.ErrWho, by(4, m))
+		samples.Takes(t, "spoilt", x, api.ErrTag, samples.Spoilt(by(4, m)), samples.Spoilt(by(3, m)))
+		samples.Takes(t, "cut", x, api.ErrShort, samples.Cut(by(4, m)), samples.Cut(by(3, m)))
 	}
 }
 
@@ -217,17 +190,17 @@ func TestByTheTable(t *testing.T) {
 			if from < n {
 				want = api.OK
 			}
-			takes(t, "few seals", x, want, by(from, m))
+			samples.Takes(t, "few seals", x, want, by(from, m))
 		}
 	}
 	k := table()
 	k.Seals[1] = append(slices.Clone(k.Seals[1]), 1)
 	k.Seals[2], k.Roots = nil, nil
 	x := inst.New(k, viewOf(15), slot)
-	takes(t, "another seal", x, api.ErrTag, by(1, m), by(2, m))
-	takes(t, "its seal", x, api.OK, by(0, m), by(3, m), samples.By(seals.Seal, k, 1, m), samples.By(seals.Seal, k, 2, m))
+	samples.Takes(t, "another seal", x, api.ErrTag, by(1, m), by(2, m))
+	samples.Takes(t, "its seal", x, api.OK, by(0, m), by(3, m), samples.By(seals.Seal, k, 1, m), samples.By(seals.Seal, k, 2, m))
 	k = samples.Table(chance(), 40)
-	takes(t, "many seals", inst.New(k, viewOf(0xffff), slot), api.OK, byAll(m, 0, 1, 14, 15)...)
+	samples.Takes(t, "many seals", inst.New(k, viewOf(0xffff), slot), api.OK, byAll(m, 0, 1, 14, 15)...)
 }
 
 // P18.2: each bit of a vote counts; a vote that is changed takes no place.
@@ -241,7 +214,7 @@ func TestEachBit(t *testing.T) {
 		}
 		part[i/8] ^= 1 << (i % 8)
 	}
-	takes(t, "as it was", x, api.OK, part)
+	samples.Takes(t, "as it was", x, api.OK, part)
 }
 
 // P18.2: at both ends of what a message may have there are votes as any others, for any digest, with any body.
@@ -255,8 +228,8 @@ func TestEndsOfNumbers(t *testing.T) {
 					m := api.Msg{Kind: api.MWrite, View: view, Reg: reg, Slot: at, Hash: h}
 					a := m
 					a.Kind, a.Body = api.MAccept, make([]byte, 60000)
-					takes(t, "at the ends", x, api.OK, by(from, m), by(from, a))
-					takes(t, "again", x, api.ErrOld, by(from, m), by(from, a))
+					samples.Takes(t, "at the ends", x, api.OK, by(from, m), by(from, a))
+					samples.Takes(t, "again", x, api.ErrOld, by(from, m), by(from, a))
 				}
 			}
 		}
